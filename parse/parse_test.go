@@ -10,6 +10,7 @@ import (
 
 	"doublet/api"
 	"doublet/lexeme"
+	"doublet/sample"
 	"doublet/sets"
 	"doublet/tree"
 )
@@ -24,10 +25,9 @@ func sign(kind api.LexKind) api.Lexeme   { return api.Lexeme{Kind: kind} }
 func rep(lo, hi int) api.Lexeme          { return api.Lexeme{Kind: 8, Lo: lo, Hi: hi} }
 func at(x api.Lexeme, n int) api.Lexeme  { x.At = n; return x }
 func bad(kind api.Errno, at int) api.Bad { return api.Bad{Kind: kind, At: at} }
-func a() api.Node                        { return tree.Bytes(sets.Of('a')) }
-func b() api.Node                        { return tree.Bytes(sets.Of('b')) }
-func c() api.Node                        { return tree.Bytes(sets.Of('c')) }
-func e() api.Node                        { return api.Node{Kind: 2} }
+
+// Short names for what most trees are made of.
+var a, b, c, e = sample.A, sample.B, sample.C, sample.Empty
 
 // row: the lexemes of a text that can be split.
 func row(t *testing.T, text string) []api.Lexeme {
@@ -529,19 +529,8 @@ func TestP703TextTooLong(t *testing.T) {
 	holdText(t, strings.Repeat("a", 65535)+"]", api.Node{}, bad(api.ErrForm, 65535))
 }
 
-// chances: a row of numbers that is always the same.
-func chances() func(most int) int {
-	x := uint64(88172645463325252)
-	return func(most int) int {
-		x ^= x << 13
-		x ^= x >> 7
-		x ^= x << 17
-		return int(x % uint64(most))
-	}
-}
-
 func TestP703TextIsSplitAndLexemes(t *testing.T) {
-	next := chances()
+	next := sample.Chances()
 	pieces := []string{"a", "b", "c", "(", ")", "(", ")", "|", "*", "+", "?", "{2}", "{0,}", "{3,7}", ".", "[a-c]", `\n`, "()", "(a|b)", "", "]", "[", "{", `\`}
 	right := 0
 	for i := range 40000 {
@@ -580,33 +569,12 @@ func TestP703TextIsSplitAndLexemes(t *testing.T) {
 	}
 }
 
-// grown: the lexemes of a right text, with about n of them, at most so deep.
-func grown(next func(int) int, n, deep int) []api.Lexeme {
-	var l []api.Lexeme
-	for len(l) < n {
-		switch kind := next(10); {
-		case kind < 2:
-			l = append(l, one(byte('a'+next(3))))
-		case kind < 4 && deep > 0:
-			l = append(l, sign(2))
-			l = append(l, grown(next, next(n-len(l)+1), deep-1)...)
-			l = append(l, sign(3))
-		case kind < 5:
-			l = append(l, sign(4))
-		case len(l) > 0 && (l[len(l)-1].Kind == 1 || l[len(l)-1].Kind == 3 || l[len(l)-1].Kind > 4):
-			lo := next(1001)
-			l = append(l, []api.Lexeme{sign(5), sign(6), sign(7), rep(lo, -1), rep(lo, lo+next(1001-lo))}[next(5)])
-		}
-	}
-	return l
-}
-
 // Rows of all lengths, right ones, and such with one lexeme made another, left out or put in.
 func TestP704RandomRows(t *testing.T) {
-	next := chances()
+	next := sample.Chances()
 	met := map[api.Errno]int{}
 	for i := range 1500 {
-		l := placed(grown(next, next(2+7*i%1100), 1+i%64), next(9), next(9))
+		l := placed(sample.Wordy(next(2+7*i%1100), 1+i%64, next), next(9), next(9))
 		met[holdRow(t, l).Kind]++
 		if len(l) == 0 {
 			continue
@@ -630,7 +598,7 @@ func TestP704RandomRows(t *testing.T) {
 
 // Rows of whatever there is: what may not be, too.
 func TestP704WhateverIsHandedIn(t *testing.T) {
-	next := chances()
+	next := sample.Chances()
 	numbers := []int{least, -1001, -2, -1, 0, 1, 2, 7, 1000, 1001, 1 << 40, greatest}
 	for range 30000 {
 		l := make([]api.Lexeme, next(6))
@@ -668,26 +636,11 @@ func TestP704Full(t *testing.T) {
 	holdRight(t, sloping, parsedText(t, sloping))
 }
 
-// deepest: how many brackets stand within each other in a text.
-func deepest(l []api.Lexeme) int {
-	deep, most := 0, 0
-	for _, x := range l {
-		switch x.Kind {
-		case 2:
-			deep++
-		case 3:
-			deep--
-		}
-		most = max(most, deep)
-	}
-	return most
-}
-
 func TestP705Brackets(t *testing.T) {
-	next := chances()
+	next := sample.Chances()
 	texts := []string{"", "a", "|", "a|", "|a", "ab", "a|b", "a*", "a{2,3}", "()", "(a)b", "(a|b)*c", "((a))", "a(b(c|)){3}?", strings.Repeat("(", 63) + "a|b" + strings.Repeat(")", 63), strings.Repeat("(", 64) + strings.Repeat(")", 64), strings.Repeat("a", 800)}
 	for range 60 {
-		text, err := lexeme.Join(grown(next, next(40), 1+next(20)))
+		text, err := lexeme.Join(sample.Wordy(next(40), 1+next(20), next))
 		if err != api.OK {
 			t.Fatal(err)
 		}
@@ -698,7 +651,7 @@ func TestP705Brackets(t *testing.T) {
 		if wrong != (api.Bad{}) {
 			t.Fatalf("Text(%.60q) tells %v", text, wrong)
 		}
-		room := 64 - deepest(row(t, text))
+		room := 64 - sample.Deepest(row(t, text))
 		for n := range room + 1 {
 			holdText(t, strings.Repeat("(", n)+text+strings.Repeat(")", n), want, api.Bad{})
 		}
@@ -748,28 +701,6 @@ func TestP701ArgumentsStay(t *testing.T) {
 	}
 }
 
-// lists counts the lists of Kids that a node lies in, the room behind them too.
-func lists(x api.Node, in map[*api.Node]int) {
-	room := x.Kids[:cap(x.Kids)]
-	for i := range room {
-		in[&room[i]]++
-	}
-	for _, kid := range x.Kids {
-		lists(kid, in)
-	}
-}
-
-// scribble writes over all that lies in lists, and behind them.
-func scribble(x api.Node) {
-	for _, kid := range x.Kids {
-		scribble(kid)
-	}
-	room := x.Kids[:cap(x.Kids)]
-	for i := range room {
-		room[i] = api.Node{Kind: 77, Set: sets.All(), Lo: 7, Hi: 7}
-	}
-}
-
 func TestP701NewMemory(t *testing.T) {
 	for _, text := range []string{"a*", "ab", "a|b", "(ab|c)*a|()|b{2}", "((a))(b)", "|||", "()()", "((ab)c|(ab)c)+", strings.Repeat("(a|", 60) + strings.Repeat(")", 60), strings.Repeat("ab*|", 200)} {
 		b := []byte(text)
@@ -779,17 +710,10 @@ func TestP701NewMemory(t *testing.T) {
 		second, _ := Text(b)
 		third, _ := Lexemes(l)
 		fourth, _ := Lexemes(l)
-		in := map[*api.Node]int{}
-		for _, x := range []api.Node{first, second, third, fourth} {
-			lists(x, in)
+		if sample.Shared(first, second, third, fourth) {
+			t.Errorf("in the answers to %.60q a node lies in two lists", text)
 		}
-		for _, n := range in {
-			if n != 1 {
-				t.Errorf("in the answers to %.60q a node lies in %d lists", text, n)
-			}
-		}
-		scribble(first)
-		scribble(third)
+		sample.Scribble([]api.Node{first, third})
 		clear(l)
 		copy(b, bytes.Repeat([]byte("*"), len(b)))
 		if !tree.Same(second, want) || !tree.Same(fourth, want) {

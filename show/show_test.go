@@ -2,7 +2,6 @@ package show
 
 import (
 	"fmt"
-	"math"
 	"slices"
 	"strings"
 	"testing"
@@ -10,25 +9,16 @@ import (
 	"doublet/api"
 	"doublet/lexeme"
 	"doublet/parse"
+	"doublet/sample"
 	"doublet/sets"
 	"doublet/tree"
 )
 
-const (
-	greatest = math.MaxInt
-	least    = math.MinInt
+// Short names for what most trees are made of.
+var (
+	a, b, c, e = sample.A, sample.B, sample.C, sample.Empty
+	of, rep    = sample.Of, sample.Rep
 )
-
-func a() api.Node { return tree.Bytes(sets.Of('a')) }
-func b() api.Node { return tree.Bytes(sets.Of('b')) }
-func c() api.Node { return tree.Bytes(sets.Of('c')) }
-func e() api.Node { return api.Node{Kind: 2} }
-func of(kind api.Kind, l ...api.Node) api.Node {
-	return api.Node{Kind: kind, Kids: l}
-}
-func rep(x api.Node, lo, hi int) api.Node {
-	return api.Node{Kind: 9, Kids: []api.Node{x}, Lo: lo, Hi: hi}
-}
 
 // row: the lexemes of a text that can be split, all at 0.
 func row(t *testing.T, text string) []api.Lexeme {
@@ -78,34 +68,6 @@ func shown(l []api.Lexeme, x api.Node) []api.Lexeme {
 	return l
 }
 
-// deepest: how many brackets stand within each other in a text.
-func deepest(l []api.Lexeme) int {
-	deep, most := 0, 0
-	for _, x := range l {
-		switch x.Kind {
-		case 2:
-			deep++
-		case 3:
-			deep--
-		}
-		most = max(most, deep)
-	}
-	return most
-}
-
-// filled: a tree with KindSet of the empty set for KindNone.
-func filled(x api.Node) api.Node {
-	if x.Kind == 1 {
-		return api.Node{Kind: 3}
-	}
-	var l []api.Node
-	for _, kid := range x.Kids {
-		l = append(l, filled(kid))
-	}
-	x.Kids = l
-	return x
-}
-
 // brief: the front of what something is written as.
 func brief(of any) string {
 	text := fmt.Sprint(of)
@@ -144,8 +106,8 @@ func holdTextOf(t *testing.T, x api.Node, l []api.Lexeme) {
 		return
 	}
 	back, bad := parse.Text([]byte(text))
-	if !tree.Same(back, filled(x)) || bad != (api.Bad{}) {
-		t.Errorf("parse.Text(%.60q) = %s, %v, want %s", text, brief(back), bad, brief(filled(x)))
+	if !tree.Same(back, sample.Filled(x)) || bad != (api.Bad{}) {
+		t.Errorf("parse.Text(%.60q) = %s, %v, want %s", text, brief(back), bad, brief(sample.Filled(x)))
 	}
 }
 
@@ -153,7 +115,7 @@ func holdTextOf(t *testing.T, x api.Node, l []api.Lexeme) {
 func holdShown(t *testing.T, x api.Node) []api.Lexeme {
 	t.Helper()
 	want := shown(nil, x)
-	if len(want) > 1024 || deepest(want) > 64 {
+	if len(want) > 1024 || sample.Deepest(want) > 64 {
 		holdWrong(t, x, api.ErrLong)
 		return want
 	}
@@ -375,52 +337,16 @@ func TestP802Repeated(t *testing.T) {
 	}
 }
 
-// chances: a row of numbers that is always the same.
-func chances() func(most int) int {
-	x := uint64(88172645463325252)
-	return func(most int) int {
-		x ^= x << 13
-		x ^= x >> 7
-		x ^= x << 17
-		return int(x % uint64(most))
-	}
-}
-
-// grown: a tree of n nodes that may be.
-func grown(n int, next func(int) int) api.Node {
-	switch {
-	case n == 1:
-		return []api.Node{of(1), e(), a(), b(), {Kind: 3}, tree.Bytes(sets.Not(sets.Of(10))), tree.Bytes(sets.Span(byte(next(99)), byte(99+next(99))))}[next(7)]
-	case n == 2 || next(3) == 0:
-		x := of(api.Kind(6+next(4)), grown(n-1, next))
-		if x.Kind == 9 {
-			x.Lo = next(1001)
-			x.Hi = []int{-1, x.Lo, x.Lo + next(1001-x.Lo)}[next(3)]
-		}
-		return x
-	}
-	var l []api.Node
-	for left := n - 1; left > 0; {
-		some := 1 + next(left)
-		if len(l) == 0 {
-			some = 1 + next(left-1)
-		}
-		l = append(l, grown(some, next))
-		left -= some
-	}
-	return of(api.Kind(4+next(2)), l...)
-}
-
 func TestP804RandomTrees(t *testing.T) {
-	next := chances()
+	next := sample.Chances()
 	long := 0
 	for i := range 6000 {
 		n := 1 + next(40)
 		if i%10 == 0 {
 			n = 1 + next(1500)
 		}
-		l := holdShown(t, grown(n, next))
-		if len(l) > 1024 || deepest(l) > 64 {
+		l := holdShown(t, sample.Grown(n, next))
+		if len(l) > 1024 || sample.Deepest(l) > 64 {
 			long++
 		}
 		if t.Failed() {
@@ -432,97 +358,22 @@ func TestP804RandomTrees(t *testing.T) {
 	}
 }
 
-// with: a tree with the node at a place, counted from the top and the left, made another one.
-func with(x api.Node, place int, y api.Node) api.Node {
-	var made func(x api.Node) api.Node
-	made = func(x api.Node) api.Node {
-		here := place == 0
-		place--
-		l := make([]api.Node, len(x.Kids))
-		for i, kid := range x.Kids {
-			l[i] = made(kid)
-		}
-		x.Kids = l
-		if here {
-			return y
-		}
-		return x
-	}
-	return made(x)
-}
-
-// mayNot: trees that may not be, for what their first node is.
-func mayNot() []api.Node {
-	s := sets.Of('a')
-	l := []api.Node{
-		{}, of(10), of(-1), of(api.Kind(least)), of(api.Kind(greatest)), of(0, a()), of(10, a(), b()), of(11, a()), {Set: s},
-		of(1, a()), of(2, a()), of(3, a()), {Kind: 3, Set: s, Kids: []api.Node{b()}}, of(1, a(), b()), of(2, a(), b()), of(3, a(), b()),
-		of(4), of(5), of(4, a()), of(5, a()), of(6), of(7), of(8), of(9), of(6, a(), b()), of(7, a(), b()), of(8, a(), b()), of(9, a(), b()), of(6, a(), a(), a()),
-		{Kind: 1, Set: sets.Of(0)}, {Kind: 2, Set: sets.Of(255)},
-		{Kind: 1, Lo: 1}, {Kind: 1, Hi: -1}, {Kind: 2, Hi: 1}, {Kind: 2, Hi: -1}, {Kind: 3, Set: s, Lo: 1}, {Kind: 3, Hi: -1},
-	}
-	for kind := api.Kind(4); kind <= 9; kind++ {
-		kids := []api.Node{a(), b()}
-		if kind > 5 {
-			kids = kids[:1]
-		}
-		l = append(l, api.Node{Kind: kind, Set: s, Kids: kids})
-		if kind < 9 {
-			l = append(l, api.Node{Kind: kind, Kids: kids, Lo: 1}, api.Node{Kind: kind, Kids: kids, Hi: -1}, api.Node{Kind: kind, Kids: kids, Lo: 2, Hi: 2})
-		}
-	}
-	for _, ends := range [][2]int{{3, 2}, {1, 0}, {0, -2}, {5, -2}, {-1, -1}, {-1, 0}, {-1, 5}, {-2, -2}, {1001, -1}, {1001, 1001}, {0, 1001}, {1000, 1001}, {1000, 999}, {least, -1}, {greatest, -1}, {0, greatest}, {0, least}, {greatest, greatest}, {least, least}} {
-		l = append(l, rep(a(), ends[0], ends[1]))
-	}
-	return l
-}
-
-// chain: n nodes, each the one kid of the one ahead, the last one an a.
-func chain(n int) api.Node {
-	x := a()
-	for i := 1; i < n; i++ {
-		x = of(api.Kind(6+i%3), x)
-		if i%4 == 0 {
-			x.Kind, x.Lo, x.Hi = 9, i%1000, -1
-		}
-	}
-	return x
-}
-
-// beside: n nodes: all but the first are its Kids, and all alike.
-func beside(kind api.Kind, n int, kid api.Node) api.Node {
-	return of(kind, slices.Repeat([]api.Node{kid}, n-1)...)
-}
-
-// nested: n nodes of a kind within each other, the inner one the first kid, or the last one.
-func nested(kind api.Kind, n int, first bool) api.Node {
-	x := a()
-	for range n {
-		if first {
-			x = of(kind, x, b())
-		} else {
-			x = of(kind, b(), x)
-		}
-	}
-	return x
-}
-
 func TestP802MayNotBe(t *testing.T) {
 	around := []api.Node{
-		of(4, a(), b()), of(5, e(), of(1), a()), of(6, of(7, of(8, rep(a(), 2, 3)))), of(4, of(6, a()), of(5, of(4, a(), b()), e()), c()), chain(30), beside(4, 30, a()), nested(5, 10, true), nested(4, 10, false),
+		of(4, a(), b()), of(5, e(), of(1), a()), of(6, of(7, of(8, rep(a(), 2, 3)))), of(4, of(6, a()), of(5, of(4, a(), b()), e()), c()), sample.Chain(30), sample.Beside(4, 30, a()), sample.Nested(5, 10, true), sample.Nested(4, 10, false),
 		// Where there are too many lexemes, or brackets, too.
-		nested(5, 70, true), nested(4, 70, false),
+		sample.Nested(5, 70, true), sample.Nested(4, 70, false),
 	}
-	for _, x := range mayNot() {
+	for _, x := range sample.MayNot() {
 		holdWrong(t, x, api.ErrKind)
 		for _, y := range around {
 			for place := range tree.Size(y) {
-				holdWrong(t, with(y, place, x), api.ErrKind)
+				holdWrong(t, sample.With(y, place, x), api.ErrKind)
 			}
 		}
-		for _, y := range []api.Node{beside(5, 2000, a()), beside(4, 3000, e()), chain(3000)} {
+		for _, y := range []api.Node{sample.Beside(5, 2000, a()), sample.Beside(4, 3000, e()), sample.Chain(3000)} {
 			for _, place := range []int{0, 1, 1000, tree.Size(y) - 1} {
-				holdWrong(t, with(y, place, x), api.ErrKind)
+				holdWrong(t, sample.With(y, place, x), api.ErrKind)
 			}
 		}
 	}
@@ -530,13 +381,13 @@ func TestP802MayNotBe(t *testing.T) {
 
 func TestP802TooManyNodes(t *testing.T) {
 	for _, n := range []int{4095, 4096} {
-		for _, x := range []api.Node{chain(n), beside(4, n, a()), beside(5, n, a()), beside(4, n, e()), beside(5, n, e()), beside(5, n, of(1))} {
+		for _, x := range []api.Node{sample.Chain(n), sample.Beside(4, n, a()), sample.Beside(5, n, a()), sample.Beside(4, n, e()), sample.Beside(5, n, e()), sample.Beside(5, n, of(1))} {
 			holdWrong(t, x, api.ErrLong)
 		}
 	}
-	holdWrong(t, nested(4, 2047, true), api.ErrLong)
-	holdWrong(t, nested(5, 2047, false), api.ErrLong)
-	for _, x := range []api.Node{chain(4097), chain(60000), beside(4, 4097, a()), beside(5, 4097, e()), beside(5, 1<<18, a()), nested(4, 2048, true), nested(5, 2048, false), nested(4, 30000, true)} {
+	holdWrong(t, sample.Nested(4, 2047, true), api.ErrLong)
+	holdWrong(t, sample.Nested(5, 2047, false), api.ErrLong)
+	for _, x := range []api.Node{sample.Chain(4097), sample.Chain(60000), sample.Beside(4, 4097, a()), sample.Beside(5, 4097, e()), sample.Beside(5, 1<<18, a()), sample.Nested(4, 2048, true), sample.Nested(5, 2048, false), sample.Nested(4, 30000, true)} {
 		holdWrong(t, x, api.ErrKind)
 	}
 	// Both Kids of a node are one and the same memory: few nodes are made, and very many met.
@@ -551,9 +402,9 @@ func TestP802TooManyNodes(t *testing.T) {
 func TestP802Long(t *testing.T) {
 	for _, n := range []int{1022, 1023, 1024, 1025, 1026, 2000, 4000} {
 		// Each of these has n lexemes.
-		l := []api.Node{beside(4, n+1, a()), beside(4, n+1, of(1)), chain(n), of(4, chain(n-1), c()), of(4, beside(4, n-2, a()), c()), of(5, beside(4, n-1, a()), c()), of(6, beside(4, n-2, a())), of(8, of(4, beside(4, n-6, a()), e()))}
+		l := []api.Node{sample.Beside(4, n+1, a()), sample.Beside(4, n+1, of(1)), sample.Chain(n), of(4, sample.Chain(n-1), c()), of(4, sample.Beside(4, n-2, a()), c()), of(5, sample.Beside(4, n-1, a()), c()), of(6, sample.Beside(4, n-2, a())), of(8, of(4, sample.Beside(4, n-6, a()), e()))}
 		if n <= 2000 {
-			l = append(l, beside(5, n+2, e()), of(6, beside(5, n-1, e())), of(5, beside(5, n-2, e()), a()))
+			l = append(l, sample.Beside(5, n+2, e()), of(6, sample.Beside(5, n-1, e())), of(5, sample.Beside(5, n-2, e()), a()))
 		}
 		for i, x := range l {
 			want := holdShown(t, x)
@@ -567,21 +418,21 @@ func TestP802Long(t *testing.T) {
 	}
 	// n KindEmpty have twice as many lexemes, and so on.
 	for n := 2; n < 1100; n += 1 + n%7 {
-		holdShown(t, beside(4, n+1, e()))
-		holdShown(t, beside(5, n+1, a()))
-		holdShown(t, beside(5, n+1, e()))
-		holdShown(t, beside(4, n+1, of(5, e(), e())))
-		holdShown(t, beside(4, n+1, of(6, a())))
-		holdShown(t, beside(5, n+1, rep(a(), 7, -1)))
+		holdShown(t, sample.Beside(4, n+1, e()))
+		holdShown(t, sample.Beside(5, n+1, a()))
+		holdShown(t, sample.Beside(5, n+1, e()))
+		holdShown(t, sample.Beside(4, n+1, of(5, e(), e())))
+		holdShown(t, sample.Beside(4, n+1, of(6, a())))
+		holdShown(t, sample.Beside(5, n+1, rep(a(), 7, -1)))
 	}
-	if l, err := Lexemes(beside(4, 513, e())); len(l) != 1024 || err != api.OK {
+	if l, err := Lexemes(sample.Beside(4, 513, e())); len(l) != 1024 || err != api.OK {
 		t.Errorf("Lexemes of 512 KindEmpty = %s, %d", brief(l), err)
 	}
-	holdWrong(t, beside(4, 514, e()), api.ErrLong)
-	if l, err := Lexemes(beside(5, 1026, e())); len(l) != 1024 || err != api.OK {
+	holdWrong(t, sample.Beside(4, 514, e()), api.ErrLong)
+	if l, err := Lexemes(sample.Beside(5, 1026, e())); len(l) != 1024 || err != api.OK {
 		t.Errorf("Lexemes of 1025 KindEmpty with | between = %s, %d", brief(l), err)
 	}
-	holdWrong(t, beside(5, 1027, e()), api.ErrLong)
+	holdWrong(t, sample.Beside(5, 1027, e()), api.ErrLong)
 }
 
 // As many brackets within each other as may be, and one more.
@@ -589,10 +440,10 @@ func TestP802Deep(t *testing.T) {
 	for n := 1; n <= 70; n++ {
 		for _, first := range []bool{true, false} {
 			// Of n nodes the outer one needs no brackets.
-			alt, cat := nested(5, n, first), nested(4, n, first)
+			alt, cat := sample.Nested(5, n, first), sample.Nested(4, n, first)
 			for i, x := range []api.Node{alt, cat, of(4, alt, c()), of(5, c(), alt), of(5, cat, c()), of(6, alt), rep(cat, 2, 2), of(5, of(6, of(7, alt)), c())} {
 				deep := []int{n - 1, n - 1, n, n, n - 1, n, n, n}[i]
-				if got := deepest(holdShown(t, x)); got != deep {
+				if got := sample.Deepest(holdShown(t, x)); got != deep {
 					t.Errorf("tree %d of %d has brackets %d deep, and not %d", i, n, got, deep)
 				}
 				if deep > 64 {
@@ -612,34 +463,16 @@ func TestP802Deep(t *testing.T) {
 	}
 	holdWrong(t, of(6, of(5, x, e())), api.ErrLong)
 	// What repeats needs no brackets, however deep it is.
-	holdAs(t, chain(1), "a")
-	if l, err := Lexemes(chain(1024)); len(l) != 1024 || err != api.OK {
+	holdAs(t, sample.Chain(1), "a")
+	if l, err := Lexemes(sample.Chain(1024)); len(l) != 1024 || err != api.OK {
 		t.Errorf("Lexemes of a chain of 1024 = %s, %d", brief(l), err)
 	}
 }
 
-// sized: sets whose classes are so many bytes long.
-func sized(t *testing.T, n int) api.Node {
-	t.Helper()
-	var s api.Set
-	for i := range (n - 2) / 4 {
-		s = sets.Union(s, sets.Of(byte(128+2*i)))
-	}
-	for i := range (n - 2) % 4 {
-		s = sets.Union(s, sets.Of("ace"[i]))
-	}
-	x := tree.Bytes(s)
-	text, err := lexeme.Join([]api.Lexeme{{Kind: 1, Set: s}})
-	if len(text) != n || err != api.OK {
-		t.Fatalf("the class has %d bytes, and not %d", len(text), n)
-	}
-	return x
-}
-
 func TestP803LongText(t *testing.T) {
-	class := func(n int) []api.Node { return slices.Repeat([]api.Node{sized(t, n)}, 1023) }
+	class := func(n int) []api.Node { return slices.Repeat([]api.Node{sample.Sized(n)}, 1023) }
 	for extra := -3; extra <= 5; extra++ {
-		for _, x := range []api.Node{of(4, append(class(64), sized(t, 64+extra))...), of(4, append([]api.Node{sized(t, 64+extra)}, class(64)...)...)} {
+		for _, x := range []api.Node{of(4, append(class(64), sample.Sized(64+extra))...), of(4, append([]api.Node{sample.Sized(64 + extra)}, class(64)...)...)} {
 			l := holdShown(t, x)
 			if got, err := Lexemes(x); !slices.Equal(got, l) || err != api.OK || len(l) != 1024 {
 				t.Errorf("Lexemes of long classes tells %d", err)
@@ -651,9 +484,9 @@ func TestP803LongText(t *testing.T) {
 		}
 	}
 	// As many lexemes as may be, of each kind, in as many bytes as may be, and in one more of them.
-	x := of(6, of(5, append(slices.Repeat([]api.Node{sized(t, 127)}, 510), sized(t, 252))...))
+	x := of(6, of(5, append(slices.Repeat([]api.Node{sample.Sized(127)}, 510), sample.Sized(252))...))
 	for extra := range 3 {
-		x.Kids[0].Kids[510] = sized(t, 252+extra)
+		x.Kids[0].Kids[510] = sample.Sized(252 + extra)
 		text, err := Text(x)
 		if extra < 2 && (len(text) != 65535+extra || err != api.OK) || extra == 2 && (text != "" || err != api.ErrLong) {
 			t.Errorf("Text of %d bytes = %.60q, %d", 65535+extra, text, err)
@@ -662,20 +495,20 @@ func TestP803LongText(t *testing.T) {
 			t.Errorf("there are %d lexemes, and not 1024", len(got))
 		}
 	}
-	x = beside(4, 513, sized(t, 128))
+	x = sample.Beside(4, 513, sample.Sized(128))
 	if text, err := Text(x); len(text) != 65536 || err != api.OK {
 		t.Errorf("Text has %d bytes, %d", len(text), err)
 	}
 	if text, err := Text(of(4, append(x.Kids, a())...)); text != "" || err != api.ErrLong {
 		t.Errorf("Text of one byte more = %.60q, %d", text, err)
 	}
-	if text, err := Text(beside(4, 1025, sized(t, 250))); text != "" || err != api.ErrLong {
+	if text, err := Text(sample.Beside(4, 1025, sample.Sized(250))); text != "" || err != api.ErrLong {
 		t.Errorf("Text of far more bytes = %.60q, %d", text, err)
 	}
 	// What Lexemes tells comes ahead.
-	holdWrong(t, beside(4, 1026, sized(t, 250)), api.ErrLong)
-	holdWrong(t, with(x, 5, of(6)), api.ErrKind)
-	holdWrong(t, with(beside(4, 1025, sized(t, 250)), 1024, api.Node{}), api.ErrKind)
+	holdWrong(t, sample.Beside(4, 1026, sample.Sized(250)), api.ErrLong)
+	holdWrong(t, sample.With(x, 5, of(6)), api.ErrKind)
+	holdWrong(t, sample.With(sample.Beside(4, 1025, sample.Sized(250)), 1024, api.Node{}), api.ErrKind)
 }
 
 // A text as long as may be, of classes that are written in one byte more: its tree has no text.
@@ -751,32 +584,11 @@ func TestP805AllShortRows(t *testing.T) {
 	}
 }
 
-// wordy: the lexemes of a right text, with about n of them and many brackets, at most so deep.
-func wordy(next func(int) int, n, deep int) []api.Lexeme {
-	var l []api.Lexeme
-	for len(l) < n {
-		switch kind := next(12); {
-		case kind < 2:
-			l = append(l, api.Lexeme{Kind: 1, Set: sets.Of(byte('a' + next(3)))})
-		case kind < 6 && deep > 0:
-			l = append(l, api.Lexeme{Kind: 2})
-			l = append(l, wordy(next, next(n-len(l)+1), deep-1)...)
-			l = append(l, api.Lexeme{Kind: 3})
-		case kind < 7:
-			l = append(l, api.Lexeme{Kind: 4})
-		case len(l) > 0 && l[len(l)-1].Kind != 4:
-			lo := next(1001)
-			l = append(l, []api.Lexeme{{Kind: 5}, {Kind: 6}, {Kind: 7}, {Kind: 8, Lo: lo, Hi: -1}, {Kind: 8, Lo: lo, Hi: lo + next(1001-lo)}}[next(5)])
-		}
-	}
-	return l
-}
-
 func TestP805RandomTexts(t *testing.T) {
-	next := chances()
+	next := sample.Chances()
 	right := 0
 	for i := range 4000 {
-		if holdShort(t, wordy(next, next(2+3*i%700), 1+i%64)) {
+		if holdShort(t, sample.Wordy(next(2+3*i%700), 1+i%64, next)) {
 			right++
 		}
 		if t.Failed() {
@@ -802,7 +614,7 @@ func TestP805Brackets(t *testing.T) {
 		}
 		holdAs(t, x, want)
 		holdShort(t, row(t, text))
-		deep := 64 - deepest(row(t, text))
+		deep := 64 - sample.Deepest(row(t, text))
 		x, bad = parse.Text([]byte(strings.Repeat("(", deep) + text + strings.Repeat(")", deep)))
 		if bad != (api.Bad{}) {
 			t.Fatalf("parse.Text(%q) between %d brackets tells %v", text, deep, bad)
@@ -817,39 +629,18 @@ func TestP805Brackets(t *testing.T) {
 	}
 }
 
-// dump writes all of a tree, with the room behind its lists.
-func dump(l []api.Node) string {
-	text := ""
-	for _, x := range l[:cap(l)] {
-		text += fmt.Sprint("<", x.Kind, x.Set, x.Lo, x.Hi, len(x.Kids), dump(x.Kids), ">")
-	}
-	return text
-}
-
-// roomy: the same trees, in lists that have room behind them, with a mark in it.
-func roomy(l []api.Node) []api.Node {
-	made := make([]api.Node, len(l)+2)
-	for i, x := range l {
-		made[i] = x
-		made[i].Kids = roomy(x.Kids)
-	}
-	made[len(l)] = api.Node{Kind: 55, Lo: 5}
-	made[len(l)+1] = api.Node{Kind: 4, Lo: 6}
-	return made[:len(l)]
-}
-
 func TestP801ArgumentsStay(t *testing.T) {
-	l := mayNot()
+	l := sample.MayNot()
 	for _, x := range things() {
 		l = append(l, x.x, of(4, x.x, of(6, x.x), of(5, x.x, e())))
 	}
-	l = append(l, nested(5, 64, true), nested(4, 70, false), chain(1024), chain(1025), beside(4, 1025, a()), beside(4, 1100, e()), beside(4, 1025, sized(t, 200)))
+	l = append(l, sample.Nested(5, 64, true), sample.Nested(4, 70, false), sample.Chain(1024), sample.Chain(1025), sample.Beside(4, 1025, a()), sample.Beside(4, 1100, e()), sample.Beside(4, 1025, sample.Sized(200)))
 	for _, x := range l {
-		some := roomy([]api.Node{x})
-		kept := dump(some)
+		some := sample.Roomy([]api.Node{x})
+		kept := sample.Dump(some)
 		Lexemes(some[0])
 		Text(some[0])
-		if got := dump(some); got != kept {
+		if got := sample.Dump(some); got != kept {
 			t.Errorf("%.300s became %.300s", kept, got)
 		}
 		if tree.Right(x) {
@@ -860,17 +651,8 @@ func TestP801ArgumentsStay(t *testing.T) {
 	}
 }
 
-// scribble writes over all that lies in lists, and behind them.
-func scribble(l []api.Node) {
-	l = l[:cap(l)]
-	for i := range l {
-		scribble(l[i].Kids)
-		l[i] = api.Node{Kind: 77, Set: sets.All(), Lo: 7, Hi: 7}
-	}
-}
-
 func TestP801NewMemory(t *testing.T) {
-	for _, x := range []api.Node{a(), of(1), of(6, e()), of(4, of(5, a(), b()), rep(a(), 2, 3)), chain(500), beside(4, 200, of(5, a(), e())), nested(4, 64, true)} {
+	for _, x := range []api.Node{a(), of(1), of(6, e()), of(4, of(5, a(), b()), rep(a(), 2, 3)), sample.Chain(500), sample.Beside(4, 200, of(5, a(), e())), sample.Nested(4, 64, true)} {
 		want := shown(nil, x)
 		text, _ := Text(x)
 		l := []api.Node{tree.Copy(x)}
@@ -883,7 +665,7 @@ func TestP801NewMemory(t *testing.T) {
 		if !tree.Same(l[0], x) {
 			t.Errorf("the answer to %s shares memory with the tree", brief(x))
 		}
-		scribble(l)
+		sample.Scribble(l)
 		if !slices.Equal(second, want) {
 			t.Errorf("the answer to %s became %s", brief(x), brief(second))
 		}
@@ -896,21 +678,10 @@ func TestP801NewMemory(t *testing.T) {
 
 // Trees of whatever there is: nothing panics, and what may not be is told.
 func TestP801WhateverIsHandedIn(t *testing.T) {
-	next := chances()
-	numbers := []int{least, -1001, -2, -1, 0, 1, 2, 7, 1000, 1001, 1 << 40, greatest}
+	next := sample.Chances()
 	var made func(deep int) api.Node
 	made = func(deep int) api.Node {
-		x := api.Node{Kind: api.Kind(next(11))}
-		switch next(12) {
-		case 0:
-			x.Kind = api.Kind(numbers[next(12)])
-		case 1:
-			x.Set = sets.Of(byte(next(256)))
-		case 2:
-			x.Lo, x.Hi = numbers[next(12)], numbers[next(12)]
-		case 3:
-			x.Kids = []api.Node{}
-		}
+		x := sample.Spoilt(api.Node{Kind: api.Kind(next(11))}, next)
 		few := []int{0, 0, 0, 0, 2, 2, 1, 1, 1, 1, 1}[max(0, min(10, x.Kind))]
 		if next(9) == 0 {
 			few = next(4)

@@ -9,6 +9,7 @@ import (
 	"testing"
 
 	"doublet/api"
+	"doublet/sample"
 	"doublet/sets"
 )
 
@@ -21,14 +22,12 @@ const (
 
 func all() api.Set        { return api.Set{^uint64(0), ^uint64(0), ^uint64(0), ^uint64(0)} }
 func just(c byte) api.Set { return sets.Of(c) }
-func a() api.Node         { return api.Node{Kind: 3, Set: just('a')} }
-func b() api.Node         { return api.Node{Kind: 3, Set: just('b')} }
-func of(kind api.Kind, l ...api.Node) api.Node {
-	return api.Node{Kind: kind, Kids: l}
-}
-func rep(x api.Node, lo, hi int) api.Node {
-	return api.Node{Kind: 9, Kids: []api.Node{x}, Lo: lo, Hi: hi}
-}
+
+// Short names for what most trees are made of.
+var (
+	a, b    = sample.A, sample.B
+	of, rep = sample.Of, sample.Rep
+)
 
 // dump writes all of a tree, and each node in a way of its own, so that two trees are the same just if their dumps are.
 func dump(l ...api.Node) string { return string(dumped(nil, l)) }
@@ -51,18 +50,6 @@ func hold(t *testing.T, name string, got, want api.Node) {
 	if dump(got) != dump(want) {
 		t.Errorf("%s = %.300s, want %.300s", name, dump(got), dump(want))
 	}
-}
-
-// roomy: the same trees, in lists that have room behind them, with a mark in it.
-func roomy(l []api.Node) []api.Node {
-	made := make([]api.Node, len(l)+2)
-	for i, x := range l {
-		made[i] = x
-		made[i].Kids = roomy(x.Kids)
-	}
-	made[len(l)] = api.Node{Kind: 55, Lo: 5}
-	made[len(l)+1] = api.Node{Kind: 66, Lo: 6}
-	return made[:len(l)]
 }
 
 // bare: the same tree, whose nodes without Kids have nil ones (or, if empty is asked for, some of length 0).
@@ -113,18 +100,6 @@ func instead(y api.Node) func(api.Node) api.Node {
 // nodes: how many there are.
 func nodes(x api.Node) int { return strings.Count(dump(x), "<") }
 
-// chain: n nodes, each the one kid of the one ahead, the last one an a.
-func chain(n int) api.Node {
-	x := a()
-	for i := 1; i < n; i++ {
-		x = of(api.Kind(6+i%3), x)
-		if i%4 == 0 {
-			x.Kind, x.Lo, x.Hi = 9, i%1000, -1
-		}
-	}
-	return x
-}
-
 // beside: n nodes: all but the first are its Kids.
 func beside(kind api.Kind, n int) api.Node {
 	l := make([]api.Node, n-1)
@@ -157,41 +132,6 @@ func twin(n int) api.Node {
 	return x
 }
 
-// numbers: a row of them that is always the same.
-func numbers() func(most int) int {
-	x := uint64(88172645463325252)
-	return func(most int) int {
-		x ^= x << 13
-		x ^= x >> 7
-		x ^= x << 17
-		return int(x % uint64(most))
-	}
-}
-
-// grown: a tree of n nodes that may be.
-func grown(n int, next func(int) int) api.Node {
-	switch {
-	case n == 1:
-		return []api.Node{of(1), of(2), a(), b(), {Kind: 3}, {Kind: 3, Set: all()}}[next(6)]
-	case n == 2 || next(3) == 0:
-		x := of(api.Kind(6+next(4)), grown(n-1, next))
-		if x.Kind == 9 {
-			x.Lo, x.Hi = next(1001), -1
-		}
-		return x
-	}
-	var l []api.Node
-	for left := n - 1; left > 0; {
-		some := 1 + next(left)
-		if len(l) == 0 {
-			some = 1 + next(left-1)
-		}
-		l = append(l, grown(some, next))
-		left -= some
-	}
-	return of(api.Kind(4+next(2)), l...)
-}
-
 // may: trees that may be, all different.
 func may() []api.Node {
 	l := []api.Node{
@@ -200,34 +140,19 @@ func may() []api.Node {
 		of(5, a(), b()), of(5, of(1), of(2)), of(5, a(), of(4, b(), b())), of(5, of(5, a(), b()), a()), of(5, a(), of(5, b(), a())),
 		of(6, a()), of(7, a()), of(8, a()), of(6, of(6, a())), of(7, of(2)), of(8, of(1)),
 		rep(a(), 0, 0), rep(a(), 0, -1), rep(a(), 2, 3), rep(a(), 2, 4), rep(a(), 1000, 1000), rep(rep(b(), 1, 1), 1, 1),
-		of(4, of(6, a()), of(5, a(), of(2)), rep(a(), 2, -1)), beside(4, 20), beside(5, 20), chain(12), slope(6, true), slope(6, false),
+		of(4, of(6, a()), of(5, a(), of(2)), rep(a(), 2, -1)), beside(4, 20), beside(5, 20), sample.Chain(12), slope(6, true), slope(6, false),
 	}
-	next := numbers()
+	next := sample.Chances()
 	for n := 6; n < 40; n++ {
-		l = append(l, grown(n, next))
-	}
-	return l
-}
-
-// mayNot: trees that may not be, for what their first node is.
-func mayNot() []api.Node {
-	l := []api.Node{
-		{}, of(10), of(-1), of(api.Kind(least)), of(api.Kind(greatest)), of(0, a()), of(10, a(), b()), of(11, a()),
-		of(1, a()), of(2, a()), of(3, a()), {Kind: 3, Set: just('a'), Kids: []api.Node{b()}}, of(1, a(), b()), of(3, a(), b()),
-		of(4), of(5), of(4, a()), of(5, a()), of(6), of(7), of(8), of(9), of(6, a(), b()), of(7, a(), b()), of(8, a(), b()), of(9, a(), b()), of(6, a(), a(), a()),
-		{Kind: 1, Set: just(0)}, {Kind: 2, Set: just(255)}, {Kind: 6, Set: just(64), Kids: []api.Node{a()}}, {Kind: 4, Set: just(128), Kids: []api.Node{a(), b()}}, {Kind: 9, Set: all(), Kids: []api.Node{a()}},
-		{Kind: 1, Lo: 1}, {Kind: 2, Hi: 1}, {Kind: 2, Hi: -1}, {Kind: 3, Set: just('a'), Lo: 1}, {Kind: 3, Hi: -1}, {Kind: 4, Kids: []api.Node{a(), b()}, Lo: 1}, {Kind: 5, Kids: []api.Node{a(), b()}, Hi: -1}, {Kind: 6, Kids: []api.Node{a()}, Hi: -1}, {Kind: 7, Kids: []api.Node{a()}, Lo: 1, Hi: -1}, {Kind: 8, Kids: []api.Node{a()}, Hi: 1},
-	}
-	for _, lohi := range [][2]int{{3, 2}, {1, 0}, {0, -2}, {5, -2}, {-1, -1}, {-1, 0}, {-1, 5}, {-2, -2}, {1001, -1}, {1001, 1001}, {0, 1001}, {1000, 1001}, {1000, 999}, {least, -1}, {greatest, -1}, {0, greatest}, {0, least}, {greatest, greatest}, {least, least}} {
-		l = append(l, rep(a(), lohi[0], lohi[1]))
+		l = append(l, sample.Grown(n, next))
 	}
 	return l
 }
 
 // both: trees that may be, and ones that may not, as they are and far within others.
 func both() []api.Node {
-	l := append(may(), mayNot()...)
-	for _, x := range mayNot() {
+	l := append(may(), sample.MayNot()...)
+	for _, x := range sample.MayNot() {
 		l = append(l, of(4, a(), of(6, x), b()), of(0, x, of(3, x)))
 	}
 	return l
@@ -273,7 +198,7 @@ func behind(l []api.Node) string {
 
 func TestP601ArgumentsStay(t *testing.T) {
 	for _, x := range both() {
-		l := roomy([]api.Node{x, a(), x})
+		l := sample.Roomy([]api.Node{x, a(), x})
 		kept := behind(l)
 		Right(l[0])
 		Size(l[0])
@@ -302,7 +227,7 @@ func TestP601ArgumentsStay(t *testing.T) {
 // holdApart: what a call answers shares nothing with its trees, nor with what it answers again.
 func holdApart(t *testing.T, name string, l []api.Node, call func(l []api.Node) api.Node) {
 	t.Helper()
-	l = roomy(l)
+	l = sample.Roomy(l)
 	kept := behind(l)
 	first, second := call(l), call(l)
 	want := behind([]api.Node{second})
@@ -336,7 +261,7 @@ func TestP601NewMemory(t *testing.T) {
 		}
 	}
 	// One tree in several places: these share nothing with each other either.
-	for _, x := range []api.Node{Cat(twin(5), twin(5)), Copy(twin(6)), Star(twin(6)), Alt(slices.Repeat([]api.Node{chain(5)}, 4)...)} {
+	for _, x := range []api.Node{Cat(twin(5), twin(5)), Copy(twin(6)), Star(twin(6)), Alt(slices.Repeat([]api.Node{sample.Chain(5)}, 4)...)} {
 		want := dump(x.Kids[len(x.Kids)-1])
 		if len(x.Kids) > 1 {
 			scribble(x.Kids[0].Kids)
@@ -358,7 +283,7 @@ func TestP601NewMemory(t *testing.T) {
 
 func TestP601LeavesAreNewMemory(t *testing.T) {
 	for _, x := range both() {
-		l := roomy([]api.Node{x})
+		l := sample.Roomy([]api.Node{x})
 		kept := behind(l)
 		first, second := Leaves(l[0]), Leaves(l[0])
 		want := slices.Clone(second)
@@ -376,12 +301,12 @@ func TestP601LeavesAreNewMemory(t *testing.T) {
 func TestP602Right(t *testing.T) {
 	for _, x := range may() {
 		holdRight(t, x, true)
-		holdRight(t, roomy([]api.Node{x})[0], true)
+		holdRight(t, sample.Roomy([]api.Node{x})[0], true)
 		holdRight(t, bare(x, true), true)
 	}
-	for _, x := range mayNot() {
+	for _, x := range sample.MayNot() {
 		holdRight(t, x, false)
-		holdRight(t, roomy([]api.Node{x})[0], false)
+		holdRight(t, sample.Roomy([]api.Node{x})[0], false)
 	}
 }
 
@@ -416,28 +341,28 @@ func TestP602RightAllTogether(t *testing.T) {
 func TestP602RightAtEachPlace(t *testing.T) {
 	for _, x := range may() {
 		for place := range nodes(x) {
-			for _, y := range mayNot() {
+			for _, y := range sample.MayNot() {
 				holdRight(t, with(x, place, instead(y)), false)
 			}
 			holdRight(t, with(x, place, instead(of(4, a(), of(2)))), true)
 		}
 	}
-	for _, y := range mayNot() {
+	for _, y := range sample.MayNot() {
 		for _, place := range []int{0, 1, 2, 2000, 3999, 4000} {
 			holdRight(t, with(beside(4, 4001), place, instead(y)), false)
-			holdRight(t, with(chain(4001), place, instead(y)), false)
+			holdRight(t, with(sample.Chain(4001), place, instead(y)), false)
 		}
 	}
 }
 
 func TestP602RightMaxNodes(t *testing.T) {
-	next := numbers()
-	mixed := func(n int) api.Node { return grown(n, next) }
-	halves := func(n int) api.Node { return of(5, chain(n/2), beside(4, n-1-n/2)) }
+	next := sample.Chances()
+	mixed := func(n int) api.Node { return sample.Grown(n, next) }
+	halves := func(n int) api.Node { return of(5, sample.Chain(n/2), beside(4, n-1-n/2)) }
 	for name, made := range map[string]func(n int) api.Node{
-		"chain": chain, "cat": func(n int) api.Node { return beside(4, n) }, "alt": func(n int) api.Node { return beside(5, n) },
+		"chain": sample.Chain, "cat": func(n int) api.Node { return beside(4, n) }, "alt": func(n int) api.Node { return beside(5, n) },
 		"star of alt": func(n int) api.Node { return of(6, beside(5, n-1)) }, "mixed": mixed, "halves": halves,
-		"twin": func(n int) api.Node { return of(4, twin(11), chain(n-2048)) },
+		"twin": func(n int) api.Node { return of(4, twin(11), sample.Chain(n-2048)) },
 	} {
 		for _, n := range []int{4094, 4095, 4096, 4097, 4098, 5000, 9000} {
 			x := made(n)
@@ -470,7 +395,7 @@ func TestP602Size(t *testing.T) {
 		{api.Node{}, 1}, {a(), 1}, {of(1), 1}, {of(2), 1}, {of(10), 1}, {of(6, a()), 2}, {of(4, a(), b()), 3}, {of(4, a(), b(), a()), 4},
 		{of(4, of(6, a()), of(5, a(), of(2)), rep(a(), 2, -1)), 8},
 		{of(3, a(), b()), 3}, {of(1, of(3, a())), 3}, {of(-7, of(0, of(0), of(0)), of(99)), 5}, {of(2, of(2, of(2))), 3},
-		{chain(5000), 5000}, {chain(deep), deep}, {beside(5, 5000), 5000}, {beside(3, wide), wide}, {slope(deep, true), 2*deep - 1}, {slope(deep, false), 2*deep - 1}, {twin(20), 1<<20 - 1},
+		{sample.Chain(5000), 5000}, {sample.Chain(deep), deep}, {beside(5, 5000), 5000}, {beside(3, wide), wide}, {slope(deep, true), 2*deep - 1}, {slope(deep, false), 2*deep - 1}, {twin(20), 1<<20 - 1},
 	} {
 		if got := Size(c.x); got != c.want {
 			t.Errorf("Size(%.300s) = %d, want %d", dump(c.x), got, c.want)
@@ -510,7 +435,7 @@ func TestP602Same(t *testing.T) {
 		}
 		holdSame(t, x, x, true)
 		holdSame(t, bare(x, true), bare(x, false), true)
-		holdSame(t, roomy([]api.Node{x})[0], x, true)
+		holdSame(t, sample.Roomy([]api.Node{x})[0], x, true)
 	}
 }
 
@@ -554,7 +479,7 @@ func TestP602SameButForOneThing(t *testing.T) {
 	if differ < 10000 {
 		t.Errorf("no more than %d pairs differ", differ)
 	}
-	for _, x := range []api.Node{chain(deep), slope(deep, true), slope(deep, false), beside(4, deep)} {
+	for _, x := range []api.Node{sample.Chain(deep), slope(deep, true), slope(deep, false), beside(4, deep)} {
 		n := Size(x)
 		for _, place := range []int{0, 1, n / 2, n - 1} {
 			for _, change := range changes()[:3] {
@@ -646,7 +571,7 @@ func TestP603Right(t *testing.T) {
 		}
 		holdRight(t, Rep(x, 3, 2), false)
 	}
-	for _, x := range mayNot() {
+	for _, x := range sample.MayNot() {
 		for _, y := range []api.Node{Cat(x), Alt(x), Cat(a(), x), Alt(x, a()), Star(x), Plus(x), Opt(x), Rep(x, 0, 1)} {
 			holdRight(t, y, false)
 		}
@@ -736,7 +661,7 @@ func TestP605Size(t *testing.T) {
 }
 
 func TestDeepAndWide(t *testing.T) {
-	for _, x := range []api.Node{chain(deep - 1), slope(deep-1, true), slope(deep-1, false), beside(4, wide), beside(5, wide), of(4, slope(1000, true), beside(5, deep), chain(deep-2))} {
+	for _, x := range []api.Node{sample.Chain(deep - 1), slope(deep-1, true), slope(deep-1, false), beside(4, wide), beside(5, wide), of(4, slope(1000, true), beside(5, deep), sample.Chain(deep-2))} {
 		n, order := Size(x), inOrder(x)
 		holdRight(t, x, false)
 		hold(t, "Copy", Copy(x), x)

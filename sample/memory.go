@@ -1,0 +1,70 @@
+package sample
+
+import (
+	"strconv"
+
+	"doublet/api"
+	"doublet/sets"
+)
+
+// Dump writes all of trees, with the room behind their lists, in a way of each one's own.
+func Dump(l []api.Node) string { return string(dumped(nil, l)) }
+
+func dumped(text []byte, l []api.Node) []byte {
+	for _, x := range l[:cap(l)] {
+		text = strconv.AppendInt(append(text, '<'), int64(x.Kind), 10)
+		for _, word := range x.Set {
+			text = strconv.AppendUint(append(text, ' '), word, 16)
+		}
+		for _, n := range []int{x.Lo, x.Hi, len(x.Kids)} {
+			text = strconv.AppendInt(append(text, ' '), int64(n), 10)
+		}
+		text = append(dumped(text, x.Kids), '>')
+	}
+	return text
+}
+
+// Roomy: the same trees, in lists that have room behind them, with a mark in it.
+func Roomy(l []api.Node) []api.Node {
+	made := make([]api.Node, len(l)+2)
+	for i, x := range l {
+		made[i] = x
+		made[i].Kids = Roomy(x.Kids)
+	}
+	made[len(l)] = api.Node{Kind: 55, Lo: 5}
+	made[len(l)+1] = api.Node{Kind: api.KindCat, Lo: 6}
+	return made[:len(l)]
+}
+
+// Scribble writes over all that lies in lists of trees, and behind them.
+func Scribble(l []api.Node) {
+	l = l[:cap(l)]
+	for i := range l {
+		Scribble(l[i].Kids)
+		l[i] = api.Node{Kind: 77, Set: sets.All(), Lo: 7, Hi: 7}
+	}
+}
+
+// Shared: does a node of trees, or the room behind one, lie in two lists?
+func Shared(l ...api.Node) bool {
+	met := map[*api.Node]int{}
+	var meet func(x api.Node)
+	meet = func(x api.Node) {
+		room := x.Kids[:cap(x.Kids)]
+		for i := range room {
+			met[&room[i]]++
+		}
+		for _, kid := range x.Kids {
+			meet(kid)
+		}
+	}
+	for _, x := range l {
+		meet(x)
+	}
+	for _, n := range met {
+		if n > 1 {
+			return true
+		}
+	}
+	return false
+}

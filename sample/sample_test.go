@@ -1,0 +1,169 @@
+package sample
+
+import (
+	"strings"
+	"testing"
+
+	"doublet/api"
+	"doublet/class"
+	"doublet/parse"
+	"doublet/tree"
+)
+
+// holdSize: a tree may be, and has so many nodes.
+func holdSize(t *testing.T, name string, x api.Node, n int) {
+	t.Helper()
+	if tree.Size(x) != n || tree.Right(x) != (n <= 4096) {
+		t.Errorf("%s of %d has %d nodes, and Right is %t", name, n, tree.Size(x), tree.Right(x))
+	}
+}
+
+func TestChances(t *testing.T) {
+	first, second := Chances(), Chances()
+	met := map[int]int{}
+	for range 1000 {
+		x, y := first(10), second(10)
+		if x != y {
+			t.Errorf("the one row has %d, the other one %d", x, y)
+		}
+		met[x]++
+	}
+	for x := range 10 {
+		if met[x] < 50 {
+			t.Errorf("there are only %d %ds", met[x], x)
+		}
+	}
+	if len(met) != 10 {
+		t.Errorf("there are %d numbers", len(met))
+	}
+}
+
+func TestTreesOfASize(t *testing.T) {
+	next := Chances()
+	for _, n := range []int{1, 2, 3, 4, 5, 12, 13, 100, 1001, 4096, 4097} {
+		holdSize(t, "Chain", Chain(n), n)
+		holdSize(t, "Grown", Grown(n, next), n)
+		if n > 2 {
+			holdSize(t, "Beside", Beside(4, n, A()), n)
+			holdSize(t, "Beside", Beside(5, n, Empty()), n)
+		}
+		if n%2 == 1 {
+			holdSize(t, "Nested", Nested(4, n/2, true), n)
+			holdSize(t, "Nested", Nested(5, n/2, false), n)
+		}
+	}
+}
+
+func TestGrownHasAllKinds(t *testing.T) {
+	next := Chances()
+	met := [api.KindRep + 1]int{}
+	var meet func(x api.Node)
+	meet = func(x api.Node) {
+		met[x.Kind]++
+		for _, kid := range x.Kids {
+			meet(kid)
+		}
+	}
+	for n := range 300 {
+		meet(Grown(1+n%30, next))
+	}
+	for kind := api.KindNone; kind <= api.KindRep; kind++ {
+		if met[kind] < 50 {
+			t.Errorf("only %d nodes are of kind %d", met[kind], kind)
+		}
+	}
+}
+
+func TestMayNot(t *testing.T) {
+	for _, x := range MayNot() {
+		if tree.Right(x) {
+			t.Errorf("%v may be", x)
+		}
+	}
+}
+
+func TestSpoilt(t *testing.T) {
+	next := Chances()
+	same, right := 0, 0
+	for range 10000 {
+		x := Grown(1+next(5), next)
+		kept := Dump([]api.Node{x})
+		y := Spoilt(x, next)
+		if Dump([]api.Node{x}) != kept {
+			t.Errorf("what was handed in became %v", x)
+		}
+		if tree.Same(x, y) {
+			same++
+		} else if tree.Right(y) {
+			right++
+		}
+	}
+	if same < 5000 || same > 8000 || right < 100 {
+		t.Errorf("%d trees are the same, and %d others may be", same, right)
+	}
+}
+
+func TestSized(t *testing.T) {
+	for n := 3; n <= 261; n++ {
+		if x := Sized(n); len(class.Show(x.Set)) != n || !tree.Right(x) {
+			t.Errorf("Sized(%d) is written as %q", n, class.Show(x.Set))
+		}
+	}
+}
+
+func TestWithAndFilled(t *testing.T) {
+	x := Of(4, A(), Of(6, Of(1)), B())
+	for place, want := range []api.Node{C(), Of(4, C(), Of(6, Of(1)), B()), Of(4, A(), C(), B()), Of(4, A(), Of(6, C()), B()), Of(4, A(), Of(6, Of(1)), C())} {
+		if got := With(x, place, C()); !tree.Same(got, want) {
+			t.Errorf("With at %d is %v", place, got)
+		}
+	}
+	if got := Filled(x); !tree.Same(got, Of(4, A(), Of(6, Of(3)), B())) {
+		t.Errorf("Filled is %v", got)
+	}
+	if !tree.Same(x, Of(4, A(), Of(6, Of(1)), B())) {
+		t.Errorf("what was handed in became %v", x)
+	}
+}
+
+func TestWordy(t *testing.T) {
+	next := Chances()
+	deepest := 0
+	for i := range 500 {
+		deep := i % 12
+		l := Wordy(i%60, deep, next)
+		if len(l) < i%60 || Deepest(l) > deep {
+			t.Errorf("Wordy of %d and %d has %d lexemes, and is %d deep", i%60, deep, len(l), Deepest(l))
+		}
+		if _, bad := parse.Lexemes(l); bad != (api.Bad{}) {
+			t.Errorf("Wordy of %d and %d is told %v", i%60, deep, bad)
+		}
+		deepest = max(deepest, Deepest(l))
+	}
+	if deepest < 5 {
+		t.Errorf("no brackets are more than %d deep", deepest)
+	}
+}
+
+func TestMemory(t *testing.T) {
+	x := Of(4, A(), Of(6, B()))
+	l := Roomy([]api.Node{x})
+	if len(l) != 1 || !tree.Same(l[0], x) || cap(l) == 1 || cap(l[0].Kids) == 2 {
+		t.Errorf("Roomy is %v", l)
+	}
+	kept := Dump(l)
+	if kept != Dump(Roomy([]api.Node{x})) || strings.Count(kept, "<") < 8 {
+		t.Errorf("Dump is %s", kept)
+	}
+	l[0].Kids[:3][2].Lo++
+	if Dump(l) == kept {
+		t.Error("Dump does not tell what lies behind")
+	}
+	if Shared(x, l[0]) || !Shared(x, x) || !Shared(Of(4, x, x)) || !Shared(x, Of(6, x)) {
+		t.Error("Shared")
+	}
+	Scribble(l)
+	if Dump(l) == kept || l[0].Kind != 77 {
+		t.Errorf("Scribble leaves %v", l)
+	}
+}

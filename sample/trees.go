@@ -1,0 +1,187 @@
+package sample
+
+import (
+	"math"
+	"slices"
+
+	"doublet/api"
+	"doublet/sets"
+)
+
+// A, B, C, Empty: trees of one node.
+func A() api.Node     { return api.Node{Kind: api.KindSet, Set: sets.Of('a')} }
+func B() api.Node     { return api.Node{Kind: api.KindSet, Set: sets.Of('b')} }
+func C() api.Node     { return api.Node{Kind: api.KindSet, Set: sets.Of('c')} }
+func Empty() api.Node { return api.Node{Kind: api.KindEmpty} }
+
+// Of: a node of a kind above trees, whether it may be or not.
+func Of(kind api.Kind, l ...api.Node) api.Node { return api.Node{Kind: kind, Kids: l} }
+
+// Rep: a KindRep, whether it may be or not.
+func Rep(x api.Node, lo, hi int) api.Node {
+	return api.Node{Kind: api.KindRep, Kids: []api.Node{x}, Lo: lo, Hi: hi}
+}
+
+// Chain: n nodes, each the one kid of the one ahead, the last one an a.
+func Chain(n int) api.Node {
+	x := A()
+	for i := 1; i < n; i++ {
+		x = Of(api.KindStar+api.Kind(i%3), x)
+		if i%4 == 0 {
+			x.Kind, x.Lo, x.Hi = api.KindRep, i%1000, -1
+		}
+	}
+	return x
+}
+
+// Beside: n nodes: all but the first are its Kids, and all alike.
+func Beside(kind api.Kind, n int, kid api.Node) api.Node {
+	return Of(kind, slices.Repeat([]api.Node{kid}, n-1)...)
+}
+
+// Nested: n nodes of a kind within each other, the inner one the first kid, or the last one.
+func Nested(kind api.Kind, n int, first bool) api.Node {
+	x := A()
+	for range n {
+		if first {
+			x = Of(kind, x, B())
+		} else {
+			x = Of(kind, B(), x)
+		}
+	}
+	return x
+}
+
+// Sized: a KindSet whose class is written in n bytes, from 3 to 261 of them.
+func Sized(n int) api.Node {
+	var s api.Set
+	for i := range (n - 2) / 4 {
+		s = sets.Union(s, sets.Of(byte(128+2*i)))
+	}
+	for i := range (n - 2) % 4 {
+		s = sets.Union(s, sets.Of("ace"[i]))
+	}
+	return api.Node{Kind: api.KindSet, Set: s}
+}
+
+// Grown: a tree of n nodes that may be.
+func Grown(n int, next func(most int) int) api.Node {
+	switch {
+	case n == 1:
+		return leaf(next)
+	case n == 2 || next(3) == 0:
+		x := Of(api.KindStar+api.Kind(next(4)), Grown(n-1, next))
+		if x.Kind == api.KindRep {
+			x.Lo = next(api.MaxRep + 1)
+			x.Hi = []int{-1, x.Lo, x.Lo + next(api.MaxRep+1-x.Lo)}[next(3)]
+		}
+		return x
+	}
+	var l []api.Node
+	for left := n - 1; left > 0; {
+		some := 1 + next(left)
+		if len(l) == 0 {
+			some = 1 + next(left-1)
+		}
+		l = append(l, Grown(some, next))
+		left -= some
+	}
+	return Of(api.KindCat+api.Kind(next(2)), l...)
+}
+
+// leaf: a tree of one node that may be.
+func leaf(next func(most int) int) api.Node {
+	switch next(8) {
+	case 0:
+		return api.Node{Kind: api.KindNone}
+	case 1:
+		return Empty()
+	case 2:
+		return A()
+	case 3:
+		return B()
+	}
+	s := []api.Set{{}, sets.Not(sets.Of(10)), sets.Of(byte(next(256))), sets.Span(byte(next(99)), byte(99+next(157)))}[next(4)]
+	return api.Node{Kind: api.KindSet, Set: s}
+}
+
+// MayNot: trees that may not be, for what their first node is.
+func MayNot() []api.Node {
+	const kinds = api.KindRep + 1
+	s := sets.Of('a')
+	l := []api.Node{
+		{}, Of(kinds), Of(-1), Of(math.MinInt), Of(math.MaxInt), Of(0, A()), Of(kinds, A(), B()), Of(kinds+1, A()), {Set: s},
+		{Kind: api.KindSet, Set: s, Kids: []api.Node{B()}}, {Kind: api.KindNone, Set: sets.Of(0)}, {Kind: api.KindEmpty, Set: sets.Of(255)},
+		{Kind: api.KindNone, Lo: 1}, {Kind: api.KindNone, Hi: -1}, {Kind: api.KindEmpty, Hi: 1}, {Kind: api.KindEmpty, Hi: -1}, {Kind: api.KindSet, Set: s, Lo: 1}, {Kind: api.KindSet, Hi: -1},
+		Of(api.KindCat), Of(api.KindAlt), Of(api.KindCat, A()), Of(api.KindAlt, A()), Of(api.KindStar, A(), A(), A()),
+	}
+	for kind := api.KindNone; kind <= api.KindSet; kind++ {
+		l = append(l, Of(kind, A()), Of(kind, A(), B()))
+	}
+	for kind := api.KindStar; kind <= api.KindRep; kind++ {
+		l = append(l, Of(kind), Of(kind, A(), B()))
+	}
+	for kind := api.KindCat; kind <= api.KindRep; kind++ {
+		kids := []api.Node{A(), B()}
+		if kind > api.KindAlt {
+			kids = kids[:1]
+		}
+		l = append(l, api.Node{Kind: kind, Set: s, Kids: kids})
+		if kind < api.KindRep {
+			l = append(l, api.Node{Kind: kind, Kids: kids, Lo: 1}, api.Node{Kind: kind, Kids: kids, Hi: -1}, api.Node{Kind: kind, Kids: kids, Lo: 2, Hi: 2})
+		}
+	}
+	for _, ends := range [][2]int{{3, 2}, {1, 0}, {0, -2}, {5, -2}, {-1, -1}, {-1, 0}, {-1, 5}, {-2, -2}, {1001, -1}, {1001, 1001}, {0, 1001}, {1000, 1001}, {1000, 999}, {math.MinInt, -1}, {math.MaxInt, -1}, {0, math.MaxInt}, {0, math.MinInt}, {math.MaxInt, math.MaxInt}, {math.MinInt, math.MinInt}} {
+		l = append(l, Rep(A(), ends[0], ends[1]))
+	}
+	return l
+}
+
+// Spoilt: a tree with one thing of its first node made another one, or none: it may be then, or not.
+func Spoilt(x api.Node, next func(most int) int) api.Node {
+	numbers := []int{math.MinInt, -api.MaxRep - 1, -2, -1, 0, 1, 2, 7, api.MaxRep, api.MaxRep + 1, 1 << 40, math.MaxInt}
+	number := func() int { return numbers[next(len(numbers))] }
+	switch next(12) {
+	case 0:
+		x.Kind = api.Kind(number())
+	case 1:
+		x.Set = sets.Of(byte(next(256)))
+	case 2:
+		x.Lo, x.Hi = number(), number()
+	case 3:
+		x.Kids = []api.Node{}
+	}
+	return x
+}
+
+// With: a tree with the node at a place, counted from the top and the left, made another one.
+func With(x api.Node, place int, y api.Node) api.Node {
+	var made func(x api.Node) api.Node
+	made = func(x api.Node) api.Node {
+		here := place == 0
+		place--
+		l := make([]api.Node, len(x.Kids))
+		for i, kid := range x.Kids {
+			l[i] = made(kid)
+		}
+		x.Kids = l
+		if here {
+			return y
+		}
+		return x
+	}
+	return made(x)
+}
+
+// Filled: a tree with KindSet of the empty set for KindNone.
+func Filled(x api.Node) api.Node {
+	if x.Kind == api.KindNone {
+		return api.Node{Kind: api.KindSet}
+	}
+	var l []api.Node
+	for _, kid := range x.Kids {
+		l = append(l, Filled(kid))
+	}
+	x.Kids = l
+	return x
+}
