@@ -74,6 +74,25 @@ func TestGrownHasAllKinds(t *testing.T) {
 	}
 }
 
+func TestEvery(t *testing.T) {
+	l := Every(5, []api.Node{Of(1), A()}, [2]int{7, 11}, [2]int{0, -1})
+	// By hand: 5 nodes above each tree of one less, and two above each list of two or more.
+	want := []int{0, 2, 10, 50 + 2*4, 290 + 2*(2*2*10+8), 5*386 + 2*(2*2*58+10*10+3*2*2*10+16)}
+	for n, some := range l {
+		met := map[string]bool{}
+		for _, x := range some {
+			holdSize(t, "Every", x, n)
+			met[Dump([]api.Node{tree.Copy(x)})] = true
+		}
+		if len(some) != want[n] || len(met) != want[n] {
+			t.Errorf("there are %d trees of %d nodes, %d of them different, want %d", len(some), n, len(met), want[n])
+		}
+	}
+	if len(l) != 6 {
+		t.Errorf("there are trees of up to %d nodes", len(l)-1)
+	}
+}
+
 func TestMayNot(t *testing.T) {
 	for _, x := range MayNot() {
 		if tree.Right(x) {

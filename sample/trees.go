@@ -89,6 +89,47 @@ func Grown(n int, next func(most int) int) api.Node {
 	return Of(api.KindCat+api.Kind(next(2)), l...)
 }
 
+// Every: all trees of up to so many nodes, by how many there are: those of one node are leaves, and a KindRep has one of some ends. They share what is below their first nodes.
+func Every(most int, leaves []api.Node, ends ...[2]int) [][]api.Node {
+	// rows: all lists of trees, by how many nodes there are in all.
+	trees, rows := [][]api.Node{nil}, [][][]api.Node{{nil}}
+	for n := 1; n <= most; n++ {
+		var l []api.Node
+		if n == 1 {
+			l = slices.Clone(leaves)
+		}
+		for _, kids := range rows[n-1] {
+			l = append(l, everyAbove(kids, ends)...)
+		}
+		trees = append(trees, l)
+		var made [][]api.Node
+		for first := 1; first <= n; first++ {
+			for _, x := range trees[first] {
+				for _, others := range rows[n-first] {
+					made = append(made, append([]api.Node{x}, others...))
+				}
+			}
+		}
+		rows = append(rows, made)
+	}
+	return trees
+}
+
+// everyAbove: all nodes that may stand above a list of trees.
+func everyAbove(kids []api.Node, ends [][2]int) []api.Node {
+	switch len(kids) {
+	case 0:
+		return nil
+	case 1:
+		l := []api.Node{Of(api.KindStar, kids...), Of(api.KindPlus, kids...), Of(api.KindOpt, kids...)}
+		for _, end := range ends {
+			l = append(l, Rep(kids[0], end[0], end[1]))
+		}
+		return l
+	}
+	return []api.Node{Of(api.KindCat, kids...), Of(api.KindAlt, kids...)}
+}
+
 // leaf: a tree of one node that may be.
 func leaf(next func(most int) int) api.Node {
 	switch next(8) {

@@ -231,34 +231,8 @@ func TestP802Deeper(t *testing.T) {
 
 // All trees of up to six nodes, each kind in each place.
 func TestP802AllSmallTrees(t *testing.T) {
-	// ofSize, rows: all trees, and all lists of trees, of so many nodes in all.
-	ofSize := [][]api.Node{nil}
-	rows := [][][]api.Node{{nil}}
 	met := 0
-	for n := 1; n <= 6; n++ {
-		var l []api.Node
-		if n == 1 {
-			l = []api.Node{of(1), e(), a()}
-		}
-		for _, kids := range rows[n-1] {
-			switch len(kids) {
-			case 0:
-			case 1:
-				l = append(l, of(6, kids...), of(7, kids...), of(8, kids...), rep(kids[0], 7, 11))
-			default:
-				l = append(l, of(4, kids...), of(5, kids...))
-			}
-		}
-		ofSize = append(ofSize, l)
-		var made [][]api.Node
-		for first := 1; first <= n; first++ {
-			for _, x := range ofSize[first] {
-				for _, others := range rows[n-first] {
-					made = append(made, append([]api.Node{x}, others...))
-				}
-			}
-		}
-		rows = append(rows, made)
+	for _, l := range sample.Every(6, []api.Node{of(1), e(), a()}, [2]int{7, 11}) {
 		for _, x := range l {
 			holdShown(t, x)
 		}
