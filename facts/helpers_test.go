@@ -19,13 +19,12 @@ const (
 
 // Short names for what most trees are made of.
 var (
-	a, b, c, e = sample.A, sample.B, sample.C, sample.Empty
-	of, rep    = sample.Of, sample.Rep
-)
+	a, b, c, e       = sample.A, sample.B, sample.C, sample.Empty
+	none, hole, leaf = sample.None, sample.Hole, sample.Leaf
+	of, rep          = sample.Of, sample.Rep
 
-func leaf(l ...byte) api.Node { return api.Node{Kind: api.KindSet, Set: sets.Of(l...)} }
-func none() api.Node          { return of(1) }
-func hole() api.Node          { return api.Node{Kind: api.KindSet} }
+	small, above, things, around = sample.Small, sample.Above, sample.Things, sample.Around
+)
 
 // answers: what all calls but Least tell of a tree.
 type answers struct {

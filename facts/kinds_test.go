@@ -8,23 +8,6 @@ import (
 	"doublet/sets"
 )
 
-// above: nodes of one kid, each kind and each sort of numbers.
-func above(x api.Node) []api.Node {
-	return []api.Node{
-		of(6, x), of(7, x), of(8, x), rep(x, 0, 0), rep(x, 0, 1), rep(x, 0, 2), rep(x, 0, -1), rep(x, 1, 1), rep(x, 1, 2), rep(x, 1, -1),
-		rep(x, 2, 2), rep(x, 2, 3), rep(x, 2, -1), rep(x, 3, 3),
-	}
-}
-
-// things: each kind of tree, alone and above others: such as say no word, the empty one alone, it and others, others alone, few or without an end.
-func things() []api.Node {
-	l := []api.Node{none(), e(), hole(), a(), b(), leaf('a', 'b')}
-	for _, x := range []api.Node{none(), e(), a(), of(5, e(), b())} {
-		l = append(l, above(x)...)
-	}
-	return append(l, of(4, a(), b()), of(4, e(), e()), of(4, a(), hole()), of(5, a(), b()), of(5, e(), e()), of(5, none(), hole()), of(5, b(), e()), of(5, none(), a()), of(5, of(6, a()), b()))
-}
-
 func TestP1002Alone(t *testing.T) {
 	holdAll(t, none(), ofNone(), "")
 	holdAll(t, hole(), ofNone(), "")

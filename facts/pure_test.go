@@ -9,14 +9,6 @@ import (
 	"doublet/tree"
 )
 
-// around: trees that may be, with nodes of each kind at many places.
-func around() []api.Node {
-	return []api.Node{
-		a(), of(4, a(), b()), of(5, e(), none(), a()), of(6, of(7, of(8, rep(a(), 2, 3)))), of(4, of(6, a()), of(5, of(4, a(), b()), e()), c()),
-		rep(a(), 0, 0), of(4, none(), a()), of(5, e(), a()), of(6, a()), sample.Chain(30), sample.Beside(4, 30, a()), sample.Nested(5, 10, true), sample.Nested(4, 10, false),
-	}
-}
-
 // Each fault at the root, and at each place of other trees: also where what says the words does not ask for it.
 func TestP1001MayNotBe(t *testing.T) {
 	for _, x := range sample.MayNot() {

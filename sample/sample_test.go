@@ -1,6 +1,7 @@
 package sample
 
 import (
+	"slices"
 	"strings"
 	"testing"
 
@@ -43,6 +44,7 @@ func TestTreesOfASize(t *testing.T) {
 	for _, n := range []int{1, 2, 3, 4, 5, 12, 13, 100, 1001, 4096, 4097} {
 		holdSize(t, "Chain", Chain(n), n)
 		holdSize(t, "Grown", Grown(n, next), n)
+		holdSize(t, "Small", Small(n, next), n)
 		if n > 2 {
 			holdSize(t, "Beside", Beside(4, n, A()), n)
 			holdSize(t, "Beside", Beside(5, n, Empty()), n)
@@ -54,8 +56,9 @@ func TestTreesOfASize(t *testing.T) {
 	}
 }
 
-func TestGrownHasAllKinds(t *testing.T) {
-	next := Chances()
+// holdKinds: enough nodes of trees are of each kind.
+func holdKinds(t *testing.T, name string, enough int, l []api.Node) {
+	t.Helper()
 	met := [api.KindRep + 1]int{}
 	var meet func(x api.Node)
 	meet = func(x api.Node) {
@@ -64,12 +67,72 @@ func TestGrownHasAllKinds(t *testing.T) {
 			meet(kid)
 		}
 	}
-	for n := range 300 {
-		meet(Grown(1+n%30, next))
+	for _, x := range l {
+		meet(x)
 	}
 	for kind := api.KindNone; kind <= api.KindRep; kind++ {
-		if met[kind] < 50 {
-			t.Errorf("only %d nodes are of kind %d", met[kind], kind)
+		if met[kind] < enough {
+			t.Errorf("only %d nodes of %s are of kind %d", met[kind], name, kind)
+		}
+	}
+}
+
+func TestRandomTreesHaveAllKinds(t *testing.T) {
+	next := Chances()
+	var grown, small []api.Node
+	for n := range 300 {
+		grown = append(grown, Grown(1+n%30, next))
+		small = append(small, Small(1+n%30, next))
+	}
+	holdKinds(t, "Grown", 50, grown)
+	holdKinds(t, "Small", 50, small)
+}
+
+func TestWrittenOut(t *testing.T) {
+	for name, l := range map[string][]api.Node{"Above": Above(Of(5, None(), Empty())), "Things": Things(), "Around": Around()} {
+		met := map[string]bool{}
+		for _, x := range l {
+			if !tree.Right(x) {
+				t.Errorf("%s has %v, which may not be", name, x)
+			}
+			met[Dump([]api.Node{tree.Copy(x)})] = true
+		}
+		if len(met) != len(l) {
+			t.Errorf("%s has %d trees, and %d different ones", name, len(l), len(met))
+		}
+	}
+	holdKinds(t, "Things", 1, Things())
+	holdKinds(t, "Around", 1, Around())
+}
+
+// What a tree says, by words that are written out.
+func TestWords(t *testing.T) {
+	for text, want := range map[string][]string{
+		"": {""}, "a": {"a"}, "ab|c": {"c", "ab"}, "a*": {"", "a", "aa", "aaa"}, "a+b?": {"a", "aa", "ab", "aaa", "aab"}, "a{2,}": {"aa", "aaa"}, "a{2}": {"aa"}, "(a|b){1,2}": {"a", "b", "aa", "ab", "ba", "bb"},
+		"[^\\x00-\\xff]": nil, "[^\\x00-\\xff]*": {""}, "a[^\\x00-\\xff]": nil, "a{0}": {""}, "(a|){2}": {"", "a", "aa"}, "(ab)*": {"", "ab"}, "(|a)+": {"", "a", "aa", "aaa"},
+	} {
+		x, bad := parse.Text([]byte(text))
+		if bad != (api.Bad{}) {
+			t.Errorf("%q is told %v", text, bad)
+			continue
+		}
+		said := Words(x, 3)
+		var got []string
+		for _, some := range said {
+			var l []string
+			for w := range some {
+				l = append(l, w)
+			}
+			slices.Sort(l)
+			got = append(got, l...)
+		}
+		if !slices.Equal(got, want) {
+			t.Errorf("%q says %q, want %q", text, got, want)
+		}
+		for _, w := range []string{"", "a", "c", "ab", "ba", "aaa", "abc", "aaaa"} {
+			if said.Has(w) != slices.Contains(want, w) {
+				t.Errorf("of %q Has(%q) is %t", text, w, said.Has(w))
+			}
 		}
 	}
 }

@@ -8,11 +8,14 @@ import (
 	"doublet/sets"
 )
 
-// A, B, C, Empty: trees of one node.
-func A() api.Node     { return api.Node{Kind: api.KindSet, Set: sets.Of('a')} }
-func B() api.Node     { return api.Node{Kind: api.KindSet, Set: sets.Of('b')} }
-func C() api.Node     { return api.Node{Kind: api.KindSet, Set: sets.Of('c')} }
-func Empty() api.Node { return api.Node{Kind: api.KindEmpty} }
+// A, B, C, Leaf, Empty, None, Hole: trees of one node; Leaf of some bytes, Hole of a set of none.
+func A() api.Node             { return Leaf('a') }
+func B() api.Node             { return Leaf('b') }
+func C() api.Node             { return Leaf('c') }
+func Leaf(l ...byte) api.Node { return api.Node{Kind: api.KindSet, Set: sets.Of(l...)} }
+func Empty() api.Node         { return api.Node{Kind: api.KindEmpty} }
+func None() api.Node          { return api.Node{Kind: api.KindNone} }
+func Hole() api.Node          { return api.Node{Kind: api.KindSet} }
 
 // Of: a node of a kind above trees, whether it may be or not.
 func Of(kind api.Kind, l ...api.Node) api.Node { return api.Node{Kind: kind, Kids: l} }
@@ -68,7 +71,7 @@ func Sized(n int) api.Node {
 func Grown(n int, next func(most int) int) api.Node {
 	switch {
 	case n == 1:
-		return leaf(next)
+		return anyLeaf(next)
 	case n == 2 || next(3) == 0:
 		x := Of(api.KindStar+api.Kind(next(4)), Grown(n-1, next))
 		if x.Kind == api.KindRep {
@@ -84,6 +87,28 @@ func Grown(n int, next func(most int) int) api.Node {
 			some = 1 + next(left-1)
 		}
 		l = append(l, Grown(some, next))
+		left -= some
+	}
+	return Of(api.KindCat+api.Kind(next(2)), l...)
+}
+
+// Small: a tree of n nodes that may be, with few bytes and small numbers.
+func Small(n int, next func(most int) int) api.Node {
+	switch {
+	case n == 1:
+		return []api.Node{None(), Hole(), Empty(), Empty(), A(), B(), C(), A(), B(), Leaf('a', 'b'), Leaf('b', 'c')}[next(11)]
+	case n == 2 || next(3) == 0:
+		x := Of(api.KindStar+api.Kind(next(4)), Small(n-1, next))
+		if x.Kind == api.KindRep {
+			x.Lo = next(3)
+			x.Hi = []int{-1, x.Lo, x.Lo + next(3)}[next(3)]
+		}
+		return x
+	}
+	var l []api.Node
+	for left := n - 1; left > 0; {
+		some := 1 + next(max(1, min(left, n-2)))
+		l = append(l, Small(some, next))
 		left -= some
 	}
 	return Of(api.KindCat+api.Kind(next(2)), l...)
@@ -130,11 +155,44 @@ func everyAbove(kids []api.Node, ends [][2]int) []api.Node {
 	return []api.Node{Of(api.KindCat, kids...), Of(api.KindAlt, kids...)}
 }
 
-// leaf: a tree of one node that may be.
-func leaf(next func(most int) int) api.Node {
+// Above: nodes of one kid, each kind and each sort of numbers.
+func Above(x api.Node) []api.Node {
+	return []api.Node{
+		Of(api.KindStar, x), Of(api.KindPlus, x), Of(api.KindOpt, x), Rep(x, 0, 0), Rep(x, 0, 1), Rep(x, 0, 2), Rep(x, 0, -1),
+		Rep(x, 1, 1), Rep(x, 1, 2), Rep(x, 1, -1), Rep(x, 2, 2), Rep(x, 2, 3), Rep(x, 2, -1), Rep(x, 3, 3),
+	}
+}
+
+// Things: each kind of tree, alone and above others: such as say no word, the empty one alone, it and others, others alone, few or without an end.
+func Things() []api.Node {
+	l := []api.Node{None(), Empty(), Hole(), A(), B(), Leaf('a', 'b')}
+	for _, x := range []api.Node{None(), Empty(), A(), Of(api.KindAlt, Empty(), B())} {
+		l = append(l, Above(x)...)
+	}
+	for _, pair := range [][2]api.Node{{A(), B()}, {Empty(), Empty()}, {A(), Hole()}} {
+		l = append(l, Of(api.KindCat, pair[:]...))
+	}
+	for _, pair := range [][2]api.Node{{A(), B()}, {Empty(), Empty()}, {None(), Hole()}, {B(), Empty()}, {None(), A()}, {Of(api.KindStar, A()), B()}} {
+		l = append(l, Of(api.KindAlt, pair[:]...))
+	}
+	return l
+}
+
+// Around: trees that may be, with nodes of each kind at many places.
+func Around() []api.Node {
+	return []api.Node{
+		A(), Of(api.KindCat, A(), B()), Of(api.KindAlt, Empty(), None(), A()), Of(api.KindStar, Of(api.KindPlus, Of(api.KindOpt, Rep(A(), 2, 3)))),
+		Of(api.KindCat, Of(api.KindStar, A()), Of(api.KindAlt, Of(api.KindCat, A(), B()), Empty()), C()),
+		Rep(A(), 0, 0), Of(api.KindCat, None(), A()), Of(api.KindAlt, Empty(), A()), Of(api.KindStar, A()),
+		Chain(30), Beside(api.KindCat, 30, A()), Nested(api.KindAlt, 10, true), Nested(api.KindCat, 10, false),
+	}
+}
+
+// anyLeaf: a tree of one node that may be.
+func anyLeaf(next func(most int) int) api.Node {
 	switch next(8) {
 	case 0:
-		return api.Node{Kind: api.KindNone}
+		return None()
 	case 1:
 		return Empty()
 	case 2:
@@ -217,7 +275,7 @@ func With(x api.Node, place int, y api.Node) api.Node {
 // Filled: a tree with KindSet of the empty set for KindNone.
 func Filled(x api.Node) api.Node {
 	if x.Kind == api.KindNone {
-		return api.Node{Kind: api.KindSet}
+		return Hole()
 	}
 	var l []api.Node
 	for _, kid := range x.Kids {
