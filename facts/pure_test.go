@@ -145,20 +145,9 @@ func TestP1001OneAnswerAndTheNext(t *testing.T) {
 // Trees of whatever there is: nothing panics, and what may not be is told so.
 func TestP1001WhateverIsHandedIn(t *testing.T) {
 	next := sample.Chances()
-	var made func(deep int) api.Node
-	made = func(deep int) api.Node {
-		x := sample.Grown(1+next(6), next)
-		if next(4) == 0 {
-			x = sample.Spoilt(x, next)
-		}
-		if deep > 0 && len(x.Kids) > 0 {
-			x.Kids[next(len(x.Kids))] = made(deep - 1)
-		}
-		return x
-	}
 	right := 0
 	for range 20000 {
-		x := made(next(4))
+		x := sample.Wild(next)
 		if !tree.Right(x) {
 			holdMayNot(t, x)
 			continue

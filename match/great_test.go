@@ -7,14 +7,6 @@ import (
 	"doublet/sample"
 )
 
-// within: a tree of n nodes, each made of the one below it.
-func within(n int, x api.Node, above func(x api.Node) api.Node) api.Node {
-	for range n - 1 {
-		x = above(x)
-	}
-	return x
-}
-
 // Trees of as many nodes as may be, that repeat in one another, and the longest words: without what is kept none of these calls would end.
 func TestP1101RepeatedWithinOneAnother(t *testing.T) {
 	t.Parallel()

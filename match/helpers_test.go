@@ -23,6 +23,9 @@ var (
 	a, b, c, e       = sample.A, sample.B, sample.C, sample.Empty
 	none, hole, leaf = sample.None, sample.Hole, sample.Leaf
 	of, rep          = sample.Of, sample.Rep
+	within           = sample.Within
+
+	allWords, anyWord, spoken = sample.AllWords, sample.AnyWord, sample.Spoken
 )
 
 // many: a word again and again.
@@ -137,28 +140,4 @@ func holdAll(t *testing.T, x api.Node, w string, says func(from, to int) bool) {
 		}
 		holdEnds(t, x, w, at, want...)
 	}
-}
-
-// allWords: all words of up to so many bytes, of the bytes of a text.
-func allWords(bytes string, most int) []string {
-	l := []string{""}
-	for from, n := 0, 0; n < most; n++ {
-		upto := len(l)
-		for _, w := range l[from:upto] {
-			for i := range len(bytes) {
-				l = append(l, w+bytes[i:i+1])
-			}
-		}
-		from = upto
-	}
-	return l
-}
-
-// anyWord: a word of n of a text's bytes.
-func anyWord(n int, bytes string, next func(int) int) string {
-	w := make([]byte, n)
-	for i := range w {
-		w[i] = bytes[next(len(bytes))]
-	}
-	return string(w)
 }

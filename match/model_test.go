@@ -182,56 +182,6 @@ func TestP1102RandomSmallTrees(t *testing.T) {
 	}
 }
 
-// spoken: a word that a tree says, of at most so many bytes; none, if there is none, or chance does not find it.
-func spoken(x api.Node, most int, next func(int) int) (string, bool) {
-	lo, more := 0, 3
-	switch x.Kind {
-	case 2:
-		return "", true
-	case 3:
-		l := sets.Bytes(x.Set)
-		if len(l) == 0 || most < 1 {
-			return "", false
-		}
-		return string([]byte{l[next(len(l))]}), true
-	case 4:
-		w := ""
-		for _, kid := range x.Kids {
-			v, ok := spoken(kid, most-len(w), next)
-			if !ok {
-				return "", false
-			}
-			w += v
-		}
-		return w, true
-	case 5:
-		return spoken(x.Kids[next(len(x.Kids))], most, next)
-	case 7:
-		lo = 1
-	case 8:
-		more = 1
-	case 9:
-		lo = x.Lo
-		if x.Hi != -1 {
-			more = min(more, x.Hi-x.Lo)
-		}
-	case 1:
-		return "", false
-	}
-	w := ""
-	for n := range lo + next(more+1) {
-		v, ok := spoken(x.Kids[0], most-len(w), next)
-		if !ok {
-			return w, n >= lo
-		}
-		if w += v; v == "" {
-			// As many more could be so.
-			break
-		}
-	}
-	return w, true
-}
-
 // Random trees of many nodes, of all bytes and great numbers; words that they say, with others ahead and behind.
 func TestP1102RandomTrees(t *testing.T) {
 	t.Parallel()

@@ -130,20 +130,9 @@ func TestP1101OneAnswerAndTheNext(t *testing.T) {
 // Trees, words and places of whatever there is: nothing panics, and what is wrong is told so.
 func TestP1101WhateverIsHandedIn(t *testing.T) {
 	next := sample.Chances()
-	var made func(deep int) api.Node
-	made = func(deep int) api.Node {
-		x := sample.Grown(1+next(6), next)
-		if next(4) == 0 {
-			x = sample.Spoilt(x, next)
-		}
-		if deep > 0 && len(x.Kids) > 0 {
-			x.Kids[next(len(x.Kids))] = made(deep - 1)
-		}
-		return x
-	}
 	var met [api.ErrState + 1]int
 	for range 20000 {
-		x := made(next(4))
+		x := sample.Wild(next)
 		w := anyWord([]int{next(7), next(20), 255, 256, 257, 1000}[next(200)/50+next(3)], "aab\x00\xff\n", next)
 		at := []int{0, next(len(w) + 1), len(w), len(w) + 1, -1, next(300), math.MinInt, math.MaxInt}[next(8)]
 		want := api.OK

@@ -45,6 +45,7 @@ func TestTreesOfASize(t *testing.T) {
 		holdSize(t, "Chain", Chain(n), n)
 		holdSize(t, "Grown", Grown(n, next), n)
 		holdSize(t, "Small", Small(n, next), n)
+		holdSize(t, "Within", Within(n, A(), func(x api.Node) api.Node { return Of(8, x) }), n)
 		if n > 2 {
 			holdSize(t, "Beside", Beside(4, n, A()), n)
 			holdSize(t, "Beside", Beside(5, n, Empty()), n)
@@ -137,6 +138,51 @@ func TestWords(t *testing.T) {
 	}
 }
 
+func TestAllWordsAndAnyWord(t *testing.T) {
+	if l := AllWords("ab", 2); !slices.Equal(l, []string{"", "a", "b", "aa", "ab", "ba", "bb"}) {
+		t.Errorf("AllWords are %q", l)
+	}
+	if l := AllWords("xyz", 5); len(l) != 1+3+9+27+81+243 || len(AllWords("ab", 0)) != 1 {
+		t.Errorf("there are %d words", len(l))
+	}
+	next := Chances()
+	met := map[string]bool{}
+	for range 1000 {
+		met[AnyWord(2, "abc", next)] = true
+	}
+	if len(met) != 9 || !met["ac"] || AnyWord(0, "abc", next) != "" {
+		t.Errorf("AnyWord tells %v", met)
+	}
+}
+
+// Words are said, and all of them come; none comes of what says none.
+func TestSpoken(t *testing.T) {
+	next := Chances()
+	for text, want := range map[string]int{"": 1, "a": 1, "ab|c": 2, "a*": 4, "a+b?": 5, "a{2,}": 2, "a{2}b": 1, "(a|b){1,2}": 6, "(a|){2}": 3, "[^\\x00-\\xff]": 0, "a[^\\x00-\\xff]": 0, "[^\\x00-\\xff]?": 1, "abcd": 0, "(ab){2}": 0} {
+		x, bad := parse.Text([]byte(text))
+		if bad != (api.Bad{}) {
+			t.Errorf("%q is told %v", text, bad)
+			continue
+		}
+		said, met := Words(x, 3), map[string]bool{}
+		for range 500 {
+			w, ok := Spoken(x, 3, next)
+			if ok && (len(w) > 3 || !said.Has(w)) || !ok && w != "" {
+				t.Errorf("of %q Spoken tells %q, %t", text, w, ok)
+			}
+			if ok {
+				met[w] = true
+			}
+		}
+		if len(met) < want {
+			t.Errorf("of %q %d words are spoken: %v", text, len(met), met)
+		}
+	}
+	if w, ok := Spoken(None(), 9, next); ok || w != "" {
+		t.Errorf("of KindNone %q is spoken", w)
+	}
+}
+
 func TestEvery(t *testing.T) {
 	l := Every(5, []api.Node{Of(1), A()}, [2]int{7, 11}, [2]int{0, -1})
 	// By hand: 5 nodes above each tree of one less, and two above each list of two or more.
@@ -161,6 +207,19 @@ func TestMayNot(t *testing.T) {
 		if tree.Right(x) {
 			t.Errorf("%v may be", x)
 		}
+	}
+}
+
+func TestWild(t *testing.T) {
+	next := Chances()
+	right := 0
+	for range 3000 {
+		if tree.Right(Wild(next)) {
+			right++
+		}
+	}
+	if right < 1000 || right > 2700 {
+		t.Errorf("%d trees may be", right)
 	}
 }
 

@@ -37,6 +37,14 @@ func Chain(n int) api.Node {
 	return x
 }
 
+// Within: a tree of n nodes, if x is one: each but x is made of the one below it.
+func Within(n int, x api.Node, above func(x api.Node) api.Node) api.Node {
+	for range n - 1 {
+		x = above(x)
+	}
+	return x
+}
+
 // Beside: n nodes: all but the first are its Kids, and all alike.
 func Beside(kind api.Kind, n int, kid api.Node) api.Node {
 	return Of(kind, slices.Repeat([]api.Node{kid}, n-1)...)
@@ -251,6 +259,22 @@ func Spoilt(x api.Node, next func(most int) int) api.Node {
 		x.Kids = []api.Node{}
 	}
 	return x
+}
+
+// Wild: a tree of whatever there is: it may be, or not.
+func Wild(next func(most int) int) api.Node {
+	var made func(deep int) api.Node
+	made = func(deep int) api.Node {
+		x := Grown(1+next(6), next)
+		if next(4) == 0 {
+			x = Spoilt(x, next)
+		}
+		if deep > 0 && len(x.Kids) > 0 {
+			x.Kids[next(len(x.Kids))] = made(deep - 1)
+		}
+		return x
+	}
+	return made(next(4))
 }
 
 // With: a tree with the node at a place, counted from the top and the left, made another one.

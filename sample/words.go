@@ -100,3 +100,77 @@ func Words(x api.Node, most int) Listed {
 	}
 	return made
 }
+
+// AllWords: all words of up to so many bytes, of the bytes of a text; they are ordered, if these rise.
+func AllWords(bytes string, most int) []string {
+	l := []string{""}
+	for from, n := 0, 0; n < most; n++ {
+		upto := len(l)
+		for _, w := range l[from:upto] {
+			for i := range len(bytes) {
+				l = append(l, w+bytes[i:i+1])
+			}
+		}
+		from = upto
+	}
+	return l
+}
+
+// AnyWord: a word of n of a text's bytes.
+func AnyWord(n int, bytes string, next func(most int) int) string {
+	w := make([]byte, n)
+	for i := range w {
+		w[i] = bytes[next(len(bytes))]
+	}
+	return string(w)
+}
+
+// Spoken: a word that a tree says, of at most so many bytes; none, if there is none, or chance does not find it.
+func Spoken(x api.Node, most int, next func(most int) int) (string, bool) {
+	lo, more := 0, 3
+	switch x.Kind {
+	case api.KindNone:
+		return "", false
+	case api.KindEmpty:
+		return "", true
+	case api.KindSet:
+		l := sets.Bytes(x.Set)
+		if len(l) == 0 || most < 1 {
+			return "", false
+		}
+		return string([]byte{l[next(len(l))]}), true
+	case api.KindCat:
+		w := ""
+		for _, kid := range x.Kids {
+			v, ok := Spoken(kid, most-len(w), next)
+			if !ok {
+				return "", false
+			}
+			w += v
+		}
+		return w, true
+	case api.KindAlt:
+		return Spoken(x.Kids[next(len(x.Kids))], most, next)
+	case api.KindPlus:
+		lo = 1
+	case api.KindOpt:
+		more = 1
+	case api.KindRep:
+		lo = x.Lo
+		if x.Hi != -1 {
+			more = min(more, x.Hi-x.Lo)
+		}
+	}
+	w := ""
+	for n := range lo + next(more+1) {
+		v, ok := Spoken(x.Kids[0], most-len(w), next)
+		if !ok && n < lo {
+			return "", false
+		}
+		if w += v; v == "" {
+			// As many more could be so; or there was no more.
+			break
+		}
+	}
+	return w, true
+}
