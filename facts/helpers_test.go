@@ -6,10 +6,9 @@ import (
 	"testing"
 
 	"doublet/api"
-	"doublet/parse"
 	"doublet/sample"
 	"doublet/sets"
-	"doublet/show"
+	"doublet/texts"
 )
 
 const (
@@ -24,6 +23,8 @@ var (
 	of, rep          = sample.Of, sample.Rep
 
 	small, above, things, around = sample.Small, sample.Above, sample.Things, sample.Around
+
+	read, brief = texts.Tree, texts.Brief
 )
 
 // answers: what all calls but Least tell of a tree.
@@ -40,18 +41,6 @@ func asked(x api.Node) answers {
 // ofNone, ofEmpty: what is told of trees that say no word, and the empty one alone.
 func ofNone() answers  { return answers{hollow: true, bounded: true, shortest: -1, longest: -1} }
 func ofEmpty() answers { return answers{nullable: true, bounded: true} }
-
-// brief: the front of what a tree is written as.
-func brief(x api.Node) string {
-	text, wrong := show.Text(x)
-	if wrong != api.OK {
-		text = sample.Dump([]api.Node{x})
-	}
-	if len(text) > 300 {
-		text = text[:300] + " .."
-	}
-	return text
-}
 
 // holdAnswers: all calls but Least tell something of a tree.
 func holdAnswers(t *testing.T, x api.Node, want answers) {
@@ -112,16 +101,6 @@ func holdMayNot(t *testing.T, x api.Node) {
 	holdNoWord(t, x)
 }
 
-// read: the tree of a text.
-func read(t *testing.T, text string) api.Node {
-	t.Helper()
-	x, bad := parse.Text([]byte(text))
-	if bad != (api.Bad{}) {
-		t.Fatalf("parse.Text(%.60q) tells %v", text, bad)
-	}
-	return x
-}
-
 // set: the set of a text's bytes.
 func set(text string) api.Set { return sets.Of([]byte(text)...) }
 
@@ -137,7 +116,7 @@ type row struct {
 func holdRows(t *testing.T, rows ...row) {
 	t.Helper()
 	for _, r := range rows {
-		holdAll(t, read(t, r.text), answers{
+		holdAll(t, read(r.text), answers{
 			hollow: r.shortest == -1, nullable: r.shortest == 0, bounded: r.shortest == -1 || r.longest >= 0,
 			shortest: r.shortest, longest: r.longest, first: set(r.first), last: set(r.last),
 		}, r.least)

@@ -15,9 +15,9 @@ import (
 func holdReads(t *testing.T, text, want string, ok bool) {
 	t.Helper()
 	if ok {
-		holdLeast(t, read(t, text), want)
+		holdLeast(t, read(text), want)
 	} else {
-		holdNoWord(t, read(t, text))
+		holdNoWord(t, read(text))
 	}
 }
 

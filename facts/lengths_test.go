@@ -46,7 +46,7 @@ func TestP1003Lengths(t *testing.T) {
 		"[^\\x00-\\xff]|ab|c": {1, 2}, "abc|[^\\x00-\\xff]|de": {2, 3}, "ab|c|[^\\x00-\\xff]": {1, 2}, "a+[^\\x00-\\xff]|bc": {2, 2}, "bc|a*[^\\x00-\\xff]": {2, 2}, "a[^\\x00-\\xff]|bc": {2, 2},
 		"[^\\x00-\\xff]a": {-1, -1}, "a[^\\x00-\\xff]": {-1, -1}, "a[^\\x00-\\xff]b": {-1, -1}, "a*[^\\x00-\\xff]b*": {-1, -1}, "[^\\x00-\\xff]|[^\\x00-\\xff]": {-1, -1}, "[^\\x00-\\xff]{0,3}": {0, 0}, "[^\\x00-\\xff]{2,3}": {-1, -1}, "a([^\\x00-\\xff]*)b": {2, 2},
 	} {
-		holdLengths(t, read(t, text), want[0], want[1])
+		holdLengths(t, read(text), want[0], want[1])
 	}
 }
 

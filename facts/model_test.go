@@ -72,7 +72,7 @@ func holdListed(t *testing.T, x api.Node) answers {
 // The model itself, by lengths that are written out.
 func TestReach(t *testing.T) {
 	for text, want := range map[string]int{"": 0, "a": 1, "ab|c": 2, "a*b": 2, "(ab){3}": 6, "(ab){0}": 2, "(ab){2,}": 4, "(a{2}|b){1,3}": 6} {
-		if got := reach(read(t, text)); got != want {
+		if got := reach(read(text)); got != want {
 			t.Errorf("reach of %q is %d, want %d", text, got, want)
 		}
 	}

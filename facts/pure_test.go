@@ -11,18 +11,8 @@ import (
 
 // Each fault at the root, and at each place of other trees: also where what says the words does not ask for it.
 func TestP1001MayNotBe(t *testing.T) {
-	for _, x := range sample.MayNot() {
+	for x := range sample.Faults() {
 		holdMayNot(t, x)
-		for _, y := range around() {
-			for place := range tree.Size(y) {
-				holdMayNot(t, sample.With(y, place, x))
-			}
-		}
-		for _, y := range []api.Node{sample.Beside(5, 3000, a()), sample.Beside(4, 3000, e()), sample.Chain(3000)} {
-			for _, place := range []int{1, 1000, 2999} {
-				holdMayNot(t, sample.With(y, place, x))
-			}
-		}
 	}
 }
 
@@ -33,14 +23,12 @@ func TestP1001TooManyNodes(t *testing.T) {
 			if x := sample.Beside(kind, 4096, kid); asked(x) == asked(api.Node{}) {
 				t.Errorf("nothing is told of a tree of 4096 nodes of kind %d", kind)
 			}
-			holdMayNot(t, sample.Beside(kind, 4097, kid))
-			holdMayNot(t, sample.Beside(kind, 1<<18, kid))
 		}
 	}
 	if x := sample.Chain(4096); asked(x) == asked(api.Node{}) {
 		t.Error("nothing is told of a chain of 4096 nodes")
 	}
-	for _, x := range []api.Node{sample.Chain(4097), sample.Chain(1 << 16), sample.Nested(4, 2048, true), sample.Nested(5, 2048, false), sample.Nested(4, 1<<15, true), sample.Nested(5, 1<<15, false)} {
+	for _, x := range sample.TooGreat() {
 		holdMayNot(t, x)
 	}
 	// Both Kids of a node are one and the same memory: few nodes are made, and very many met.
@@ -97,7 +85,7 @@ func TestP1001EmptyLists(t *testing.T) {
 
 func TestP1001NewMemory(t *testing.T) {
 	for _, text := range []string{"", "a", "abc", "a|b|c", "b|a", "(ab){3}c", "(a|b){7}", "(x|(abc){2}|aabbcc)(d|)", "a{1000}", "(a{5}){5}|(b{5}){5}"} {
-		x := read(t, text)
+		x := read(text)
 		first, ok := Least(x, 1000)
 		second, _ := Least(x, 1000)
 		kept := string(second)
@@ -124,22 +112,13 @@ func TestP1001OneAnswerAndTheNext(t *testing.T) {
 		word, _ := Least(x, 1000)
 		told, words = append(told, asked(x)), append(words, string(word))
 	}
-	done := make(chan bool)
-	for i := range 8 {
-		go func() {
-			for n := range 300 {
-				at := (i*17 + n) % len(trees)
-				word, _ := Least(trees[at], 1000)
-				if asked(trees[at]) != told[at] || string(word) != words[at] {
-					t.Errorf("at once is told of %s what was not told of it ahead", brief(trees[at]))
-				}
-			}
-			done <- true
-		}()
-	}
-	for range 8 {
-		<-done
-	}
+	sample.AtOnce(300, func(place int) {
+		at := place % len(trees)
+		word, _ := Least(trees[at], 1000)
+		if asked(trees[at]) != told[at] || string(word) != words[at] {
+			t.Errorf("at once is told of %s what was not told of it ahead", brief(trees[at]))
+		}
+	})
 }
 
 // Trees of whatever there is: nothing panics, and what may not be is told so.

@@ -5,27 +5,19 @@ import (
 
 	"doublet/api"
 	"doublet/sample"
-	"doublet/tree"
 )
 
 // Each fault at the root, and at each place of other trees: also where no word comes to it.
 func TestP1102ErrKind(t *testing.T) {
 	t.Parallel()
-	for _, x := range sample.MayNot() {
-		holdMayNot(t, x)
-		for _, y := range sample.Around() {
-			for place := range tree.Size(y) {
-				holdMayNot(t, sample.With(y, place, x))
-			}
-		}
-		if t.Failed() {
+	for x := range sample.Faults() {
+		if holdMayNot(t, x); t.Failed() {
 			return
 		}
+	}
+	for _, x := range sample.MayNot() {
 		holdMayNot(t, of(5, e(), of(4, none(), x)))
 		holdMayNot(t, rep(x, 0, 0))
-		for _, y := range []api.Node{sample.Beside(5, 3000, a()), sample.Beside(4, 3000, b()), sample.Chain(3000)} {
-			holdMayNot(t, sample.With(y, 2999, x))
-		}
 	}
 }
 
@@ -35,7 +27,7 @@ func TestP1102ErrKindOfTooManyNodes(t *testing.T) {
 	holdEnds(t, sample.Beside(4, 4096, e()), "ab", 1, 1)
 	holdEnds(t, sample.Beside(4, 4096, a()), "ab", 0)
 	holdEnds(t, sample.Chain(4096), "aa", 0, 0, 1, 2)
-	for _, x := range []api.Node{sample.Beside(5, 4097, a()), sample.Beside(4, 4097, e()), sample.Chain(4097), sample.Nested(4, 2048, true), sample.Nested(5, 2048, false), sample.Beside(5, 1<<18, a()), sample.Chain(1 << 16), sample.Nested(4, 1<<15, true), sample.Nested(5, 1<<15, false)} {
+	for _, x := range sample.TooGreat() {
 		holdMayNot(t, x)
 	}
 	// Both Kids of a node are one and the same memory: few nodes are made, and very many met.

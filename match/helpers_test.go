@@ -3,14 +3,12 @@ package match
 import (
 	"math"
 	"slices"
-	"strconv"
 	"strings"
 	"testing"
 
 	"doublet/api"
-	"doublet/parse"
 	"doublet/sample"
-	"doublet/show"
+	"doublet/texts"
 )
 
 const (
@@ -26,6 +24,8 @@ var (
 	within           = sample.Within
 
 	allWords, anyWord, spoken = sample.AllWords, sample.AnyWord, sample.Spoken
+
+	read, brief = texts.Tree, texts.Brief
 )
 
 // many: a word again and again.
@@ -46,28 +46,6 @@ func where(so bool, l ...int) []int {
 		return l
 	}
 	return nil
-}
-
-// brief: the front of what a tree is written as; of one that isn't written its first node, for it may have very many.
-func brief(x api.Node) string {
-	text, wrong := show.Text(x)
-	if wrong != api.OK {
-		return "a node of kind " + strconv.Itoa(int(x.Kind)) + " with " + strconv.Itoa(len(x.Kids)) + " Kids, " + strconv.Itoa(x.Lo) + " and " + strconv.Itoa(x.Hi)
-	}
-	if len(text) > 300 {
-		text = text[:300] + " .."
-	}
-	return text
-}
-
-// read: the tree of a text.
-func read(t *testing.T, text string) api.Node {
-	t.Helper()
-	x, bad := parse.Text([]byte(text))
-	if bad != (api.Bad{}) {
-		t.Fatalf("parse.Text(%.60q) tells %v", text, bad)
-	}
-	return x
 }
 
 // last: the last one of some numbers; -1 of none.

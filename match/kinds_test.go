@@ -56,7 +56,7 @@ func TestP1102WrittenOut(t *testing.T) {
 		{".*a", "babcab", 0, []int{2, 5}}, {".*\\n.*", "a\nb\n", 0, []int{2, 3}}, {".", "\n", 0, nil}, {"[a-c]+[^a-c]", "abcx", 1, []int{4}}, {"\\xff*", "\xff\xff\xfe", 0, []int{0, 1, 2}}, {"\\x00+", "\x00a", 0, []int{1}},
 		{"a.*b", "acbcb", 0, []int{3, 5}}, {"(.{2})*", "abcde", 0, []int{0, 2, 4}}, {"(.{2})*", "abcde", 1, []int{1, 3, 5}}, {"(.*){2}b", "abab", 0, []int{2, 4}},
 	} {
-		holdEnds(t, read(t, r.text), r.word, r.at, r.want...)
+		holdEnds(t, read(r.text), r.word, r.at, r.want...)
 	}
 }
 
@@ -270,7 +270,7 @@ func TestP1102FullAndLongest(t *testing.T) {
 		{"(ab)+", "ababa", false, []int{4, -1, 4, -1, -1, -1}}, {"b?", "ab", false, []int{0, 2, 2}}, {"(a|b){2}", "aba", false, []int{2, 3, -1, -1}}, {"[^\\x00-\\xff]", "", false, []int{-1}}, {"[^\\x00-\\xff]?", "ab", false, []int{0, 1, 2}},
 		{".*b", "abab", true, []int{4, 4, 4, 4, -1}}, {"a{2}|a{4}", "aaa", false, []int{2, 3, -1, -1}},
 	} {
-		x := read(t, r.text)
+		x := read(r.text)
 		if got := Full(x, []byte(r.word)); got != r.full {
 			t.Errorf("Full(%s, %q) = %t", r.text, r.word, got)
 		}

@@ -144,23 +144,13 @@ func TestModels(t *testing.T) {
 	}
 }
 
-// All trees of up to three, four and five nodes, the greater ones of fewer leaves and numbers, and all words of a few bytes.
+// All trees of few nodes, and all words of a few bytes.
 func TestP1102AllSmallTrees(t *testing.T) {
 	t.Parallel()
-	ends := [][2]int{{0, 0}, {0, -1}, {1, -1}, {2, -1}, {0, 1}, {0, 2}, {1, 1}, {1, 2}, {2, 2}, {2, 3}}
-	for _, some := range []struct {
-		trees [][]api.Node
-		bytes string
-		most  int
-	}{
-		{sample.Every(3, []api.Node{none(), e(), hole(), a(), b(), leaf('a', 'c')}, ends...), "abc", 3},
-		{sample.Every(3, []api.Node{e(), a(), leaf('a', 'b')}, ends...), "ab", 6},
-		{sample.Every(4, []api.Node{none(), e(), a(), b()}, ends...), "ab", 3},
-		{sample.Every(5, []api.Node{e(), a(), b()}, [2]int{2, -1}, [2]int{1, 2}), "ab", 2},
-	} {
-		words := allWords(some.bytes, some.most)
-		for _, x := range slices.Concat(some.trees...) {
-			holdListed(t, x, words, some.most)
+	for _, some := range sample.SmallTrees() {
+		words := allWords(some.Bytes, some.Most)
+		for _, x := range some.Trees {
+			holdListed(t, x, words, some.Most)
 			if t.Failed() {
 				return
 			}
@@ -239,6 +229,6 @@ func TestP1102LongWords(t *testing.T) {
 		t.Errorf("only %d words were said far on", long)
 	}
 	for _, text := range []string{"(a|bb|aba)*", "(a{2,3}b?)+", "((ab?)*a){5,}", "(.*ab){2}.*", "(a+b+){3,9}"} {
-		holdCuts(t, read(t, text), anyWord(256, "aaab", next))
+		holdCuts(t, read(text), anyWord(256, "aaab", next))
 	}
 }

@@ -28,12 +28,6 @@ func (r answer) same(other answer) bool {
 	return slices.Equal(r.ends, other.ends) && r.wrong == other.wrong && r.full == other.full && r.longest == other.longest
 }
 
-// roomy: the same bytes, with room behind them that goes on as they do.
-func roomy(w string) []byte {
-	l := append([]byte(w), "aaabbbcccaaabbbccc"...)
-	return l[:len(w)]
-}
-
 func TestP1101ArgumentsStay(t *testing.T) {
 	next := sample.Chances()
 	l := append(append(sample.Around(), sample.MayNot()...), sample.Things()...)
@@ -41,7 +35,7 @@ func TestP1101ArgumentsStay(t *testing.T) {
 		l = append(l, sample.Grown(1+n%50, next), sample.Small(1+n%12, next), sample.Spoilt(sample.Grown(1+n%9, next), next))
 	}
 	for i, x := range l {
-		given, w := sample.Roomy([]api.Node{x}), roomy(anyWord(i%9, "aab", next))
+		given, w := sample.Roomy([]api.Node{x}), sample.RoomyText(anyWord(i%9, "aab", next))
 		kept, word := sample.Dump(given), slices.Clone(w[:cap(w)])
 		for _, at := range []int{-1, 0, len(w) / 2, len(w), len(w) + 1} {
 			told := asked(given[0], w, at)
@@ -81,7 +75,7 @@ func TestP1101Empty(t *testing.T) {
 
 func TestP1101NewMemory(t *testing.T) {
 	for _, text := range []string{"", "a", "a*", "(a|ab)*", "a{2,3}|a{5}", ".*.*", "b"} {
-		x, w := read(t, text), []byte("aabaaab")
+		x, w := read(text), []byte("aabaaab")
 		for at := range len(w) + 1 {
 			first, _ := Ends(x, w, at)
 			second, _ := Ends(x, w, at)
@@ -110,21 +104,11 @@ func TestP1101OneAnswerAndTheNext(t *testing.T) {
 	for i := range 3000 {
 		told = append(told, asked(place(i)))
 	}
-	done := make(chan bool)
-	for i := range 8 {
-		go func() {
-			for n := range told {
-				at := (i*377 + n) % len(told)
-				if x, w, from := place(at); !asked(x, w, from).same(told[at]) {
-					t.Errorf("at once is told of %s, %q and %d what was not told of it ahead", brief(x), w, from)
-				}
-			}
-			done <- true
-		}()
-	}
-	for range 8 {
-		<-done
-	}
+	sample.AtOnce(len(told), func(at int) {
+		if x, w, from := place(at); !asked(x, w, from).same(told[at]) {
+			t.Errorf("at once is told of %s, %q and %d what was not told of it ahead", brief(x), w, from)
+		}
+	})
 }
 
 // Trees, words and places of whatever there is: nothing panics, and what is wrong is told so.

@@ -36,6 +36,12 @@ func Roomy(l []api.Node) []api.Node {
 	return made[:len(l)]
 }
 
+// RoomyText: the bytes of a text, with room behind them that goes on as words of a, b and c do.
+func RoomyText(w string) []byte {
+	l := append([]byte(w), "aaabbbcccaaabbbccc"...)
+	return l[:len(w)]
+}
+
 // Scribble writes over all that lies in lists of trees, and behind them.
 func Scribble(l []api.Node) {
 	l = l[:cap(l)]

@@ -3,6 +3,7 @@ package sample
 import (
 	"slices"
 	"strings"
+	"sync/atomic"
 	"testing"
 
 	"doublet/api"
@@ -37,6 +38,17 @@ func TestChances(t *testing.T) {
 	if len(met) != 10 {
 		t.Errorf("there are %d numbers", len(met))
 	}
+}
+
+func TestAtOnce(t *testing.T) {
+	var met [1000]atomic.Int64
+	AtOnce(len(met), func(place int) { met[place].Add(1) })
+	for place := range met {
+		if n := met[place].Load(); n != 8 {
+			t.Errorf("the place %d was checked %d times", place, n)
+		}
+	}
+	AtOnce(0, func(place int) { t.Errorf("the place %d was checked", place) })
 }
 
 func TestTreesOfASize(t *testing.T) {
@@ -202,11 +214,58 @@ func TestEvery(t *testing.T) {
 	}
 }
 
+func TestSmallTrees(t *testing.T) {
+	for _, some := range SmallTrees() {
+		if len(some.Trees) < 500 || some.Most < 2 || len(some.Bytes) < 2 {
+			t.Errorf("there are %d trees, for words of up to %d of %q", len(some.Trees), some.Most, some.Bytes)
+		}
+		for _, x := range some.Trees {
+			if !tree.Right(x) {
+				t.Errorf("%v may not be", x)
+			}
+		}
+	}
+}
+
 func TestMayNot(t *testing.T) {
 	for _, x := range MayNot() {
 		if tree.Right(x) {
 			t.Errorf("%v may be", x)
 		}
+	}
+}
+
+// Each place of several trees; and no fault is lost on the way.
+func TestFaults(t *testing.T) {
+	met, first := 0, 0
+	for x := range Faults() {
+		if tree.Right(x) {
+			t.Errorf("%v may be", x)
+		}
+		if met++; len(x.Kids) == 0 {
+			first++
+		}
+	}
+	if places := 1 + 9; met < len(MayNot())*10*places || first < 20 {
+		t.Errorf("there are %d trees, %d without Kids", met, first)
+	}
+	for range Faults() {
+		break
+	}
+}
+
+func TestTooGreat(t *testing.T) {
+	exact := 0
+	for _, x := range TooGreat() {
+		if tree.Right(x) || tree.Size(x) <= 4096 {
+			t.Errorf("a tree of %d nodes may be", tree.Size(x))
+		}
+		if tree.Size(x) == 4097 {
+			exact++
+		}
+	}
+	if exact < 10 {
+		t.Errorf("%d trees have one node more than may be", exact)
 	}
 }
 
@@ -299,6 +358,11 @@ func TestMemory(t *testing.T) {
 	l[0].Kids[:3][2].Lo++
 	if Dump(l) == kept {
 		t.Error("Dump does not tell what lies behind")
+	}
+	for _, text := range []string{"", "a", "\x00b"} {
+		if w := RoomyText(text); string(w) != text || cap(w) < len(w)+9 {
+			t.Errorf("RoomyText of %q is %q", text, w[:cap(w)])
+		}
 	}
 	if Shared(x, l[0]) || !Shared(x, x) || !Shared(Of(4, x, x)) || !Shared(x, Of(6, x)) {
 		t.Error("Shared")

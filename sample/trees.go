@@ -1,6 +1,7 @@
 package sample
 
 import (
+	"iter"
 	"math"
 	"slices"
 
@@ -163,6 +164,25 @@ func everyAbove(kids []api.Node, ends [][2]int) []api.Node {
 	return []api.Node{Of(api.KindCat, kids...), Of(api.KindAlt, kids...)}
 }
 
+// Group: trees, and the words that are asked of them: all of some bytes, of up to a length.
+type Group struct {
+	Trees []api.Node
+	Bytes string
+	Most  int
+}
+
+// SmallTrees: all trees of up to three, four and five nodes, the greater ones of fewer leaves and numbers.
+func SmallTrees() []Group {
+	ends := [][2]int{{0, 0}, {0, -1}, {1, -1}, {2, -1}, {0, 1}, {0, 2}, {1, 1}, {1, 2}, {2, 2}, {2, 3}}
+	all := func(trees [][]api.Node) []api.Node { return slices.Concat(trees...) }
+	return []Group{
+		{all(Every(3, []api.Node{None(), Empty(), Hole(), A(), B(), Leaf('a', 'c')}, ends...)), "abcx", 3},
+		{all(Every(3, []api.Node{Empty(), A(), Leaf('a', 'b')}, ends...)), "ab", 6},
+		{all(Every(4, []api.Node{None(), Empty(), A(), B()}, ends...)), "ab", 3},
+		{all(Every(5, []api.Node{Empty(), A(), B()}, [2]int{2, -1}, [2]int{1, 2})), "ab", 2},
+	}
+}
+
 // Above: nodes of one kid, each kind and each sort of numbers.
 func Above(x api.Node) []api.Node {
 	return []api.Node{
@@ -242,6 +262,52 @@ func MayNot() []api.Node {
 		l = append(l, Rep(A(), ends[0], ends[1]))
 	}
 	return l
+}
+
+// Faults goes through trees that may not be: for what their first node is, and for what a node at whatever place of others is.
+func Faults() iter.Seq[api.Node] {
+	return func(yield func(api.Node) bool) {
+		great := []api.Node{Beside(api.KindAlt, 3000, A()), Beside(api.KindCat, 3000, Empty()), Chain(3000)}
+		for _, x := range MayNot() {
+			l := []api.Node{x}
+			for _, y := range Around() {
+				for place := range size(y) {
+					l = append(l, With(y, place, x))
+				}
+			}
+			for _, y := range great {
+				l = append(l, With(y, 1, x), With(y, 1000, x), With(y, 2999, x))
+			}
+			for _, y := range l {
+				if !yield(y) {
+					return
+				}
+			}
+		}
+	}
+}
+
+// size: how many nodes a tree has.
+func size(x api.Node) int {
+	n := 1
+	for _, kid := range x.Kids {
+		n += size(kid)
+	}
+	return n
+}
+
+// TooGreat: trees that may not be for how many nodes they have: one more than may be, some more, and very many.
+func TooGreat() []api.Node {
+	l := []api.Node{Chain(4097), Chain(1 << 16), Nested(api.KindCat, 2048, true), Nested(api.KindAlt, 2048, false), Nested(api.KindCat, 1<<15, true), Nested(api.KindAlt, 1<<15, false), Rep(Beside(api.KindAlt, 4096, A()), 0, 0)}
+	for _, kid := range []api.Node{A(), Empty(), None(), Hole()} {
+		for _, kind := range []api.Kind{api.KindCat, api.KindAlt} {
+			l = append(l, Beside(kind, 4097, kid), Beside(kind, 1<<18, kid))
+		}
+	}
+	for kind := api.KindStar; kind <= api.KindOpt; kind++ {
+		l = append(l, Within(4097, A(), func(x api.Node) api.Node { return Of(kind, x) }))
+	}
+	return append(l, Within(4097, A(), func(x api.Node) api.Node { return Rep(x, 2, 3) }))
 }
 
 // Spoilt: a tree with one thing of its first node made another one, or none: it may be then, or not.

@@ -6,10 +6,9 @@ import (
 	"testing"
 
 	"doublet/api"
-	"doublet/parse"
 	"doublet/sample"
 	"doublet/sets"
-	"doublet/show"
+	"doublet/texts"
 	"doublet/tree"
 )
 
@@ -25,6 +24,8 @@ var (
 	of, times  = sample.Of, sample.Rep
 
 	allWords, anyWord, spoken = sample.AllWords, sample.AnyWord, sample.Spoken
+
+	read, brief = texts.Tree, texts.Brief
 )
 
 // again: a tree of n nodes of a kind, one above the other, and an a below.
@@ -37,32 +38,6 @@ func ofSet(s api.Set) api.Node { return api.Node{Kind: api.KindSet, Set: s} }
 
 // chars: a leaf of a text's bytes.
 func chars(text string) api.Node { return ofSet(sets.Of([]byte(text)...)) }
-
-// brief: the front of what a tree is written as; of one that may not be its first node, for it may have very many.
-func brief(x api.Node) string {
-	text, wrong := show.Text(x)
-	switch {
-	case !tree.Right(x):
-		return "a node of kind " + strconv.Itoa(int(x.Kind)) + " with " + strconv.Itoa(len(x.Kids)) + " Kids, " + strconv.Itoa(x.Lo) + " and " + strconv.Itoa(x.Hi)
-	case wrong != api.OK, !tree.Same(x, sample.Filled(x)):
-		// A text does not tell KindNone from a KindSet of no byte.
-		text = sample.Dump([]api.Node{x})
-	}
-	if len(text) > 300 {
-		text = text[:300] + " .."
-	}
-	return text
-}
-
-// read: the tree of a text.
-func read(t *testing.T, text string) api.Node {
-	t.Helper()
-	x, bad := parse.Text([]byte(text))
-	if bad != (api.Bad{}) {
-		t.Fatalf("parse.Text(%.60q) tells %v", text, bad)
-	}
-	return x
-}
 
 // simpleOf: what Of tells of a tree that may be.
 func simpleOf(t *testing.T, x api.Node) api.Node {

@@ -41,17 +41,17 @@ func TestP1202ThreeOfThree(t *testing.T) {
 	signs := map[string]func(api.Node) api.Node{"*": Star, "+": Plus, "?": Opt}
 	for _, r := range strings.Fields("**:* *+:* *?:* +*:* ++:+ +?:* ?*:* ?+:* ??:?") {
 		for _, x := range []string{"a", "(ab)", "a{2,3}", "(ab|c)"} {
-			want := read(t, x+r[3:])
-			got := signs[r[1:2]](signs[r[:1]](read(t, x)))
+			want := read(x + r[3:])
+			got := signs[r[1:2]](signs[r[:1]](read(x)))
 			holdTree(t, got, want, x+r[:2])
-			holdOf(t, read(t, x+r[:2]), want)
+			holdOf(t, read(x+r[:2]), want)
 			for third, one := range signs {
 				twice := r[3:]
 				if third != twice {
 					twice = "*"
 				}
-				holdTree(t, one(got), read(t, x+twice), x+r[:2]+third)
-				holdOf(t, read(t, x+r[:2]+third), read(t, x+twice))
+				holdTree(t, one(got), read(x+twice), x+r[:2]+third)
+				holdOf(t, read(x+r[:2]+third), read(x+twice))
 			}
 		}
 	}
@@ -78,7 +78,7 @@ func TestP1202Rep(t *testing.T) {
 			t.Fatalf("there are %d texts for %s", len(l), x)
 		}
 		for i, text := range l {
-			holdRep(t, read(t, text), read(t, x), numbers[i][0], numbers[i][1])
+			holdRep(t, read(text), read(x), numbers[i][0], numbers[i][1])
 		}
 	}
 }

@@ -6,11 +6,12 @@ import (
 	"doublet/api"
 	"doublet/sample"
 	"doublet/sets"
+	"doublet/texts"
 	"doublet/tree"
 )
 
 // nothing: a class of no byte, as a text.
-const nothing = `[^\x00-\xff]`
+const nothing = texts.Nothing
 
 func TestP1203Alone(t *testing.T) {
 	holdOf(t, none(), none())
@@ -50,11 +51,11 @@ func TestP1203WrittenOut(t *testing.T) {
 		// Deep within.
 		{"((a()|a){1}*)+?", "a*"}, {"x(y(z()(w)))*", "x(yzw)*"}, {"(((a|b)|(c|d))*|(e|" + nothing + "))+", "([a-d]*|e)+"}, {"(a(" + nothing + "|)b|ab)*", "(ab)*"}, {"((ab|)|(|ab))?", "(ab|)?"}, {"(((((a)))))", "a"}, {"((((()a)))b)", "ab"}, {"((a{0}b{1}){1,}c{0,1}){0,}", "(b+c?)*"},
 	} {
-		want := read(t, r[1])
+		want := read(r[1])
 		if r[1] == nothing {
 			want = none()
 		}
-		holdOf(t, read(t, r[0]), want)
+		holdOf(t, read(r[0]), want)
 	}
 }
 
@@ -132,7 +133,7 @@ func TestP1203Wide(t *testing.T) {
 		"()a()":    {sample.Beside(4, 1024, a()), a()},
 		"(ab){2}*": {sample.Beside(4, 820, of(6, times(of(4, a(), b()), 2, 2))), of(6, times(of(4, a(), b()), 2, 2))},
 	} {
-		x := read(t, kid)
+		x := read(kid)
 		n := 4095 / tree.Size(x)
 		if kid == "ab" {
 			want.cat = of(4)
@@ -226,36 +227,24 @@ func TestP1203DeepAndWide(t *testing.T) {
 // Each fault at the root, and at each place of other trees.
 func TestP1203ErrKind(t *testing.T) {
 	t.Parallel()
-	for _, x := range sample.MayNot() {
-		holdWrong(t, x)
-		for _, y := range sample.Around() {
-			for place := range tree.Size(y) {
-				holdWrong(t, sample.With(y, place, x))
-			}
+	for x := range sample.Faults() {
+		if holdWrong(t, x); t.Failed() {
+			return
 		}
-		// In parts that would be left out.
+	}
+	// In parts that would be left out.
+	for _, x := range sample.MayNot() {
 		for _, y := range []api.Node{
 			of(4, none(), x), of(4, x, none()), of(4, hole(), of(6, x)), of(5, none(), x), of(5, of(4, none(), x), a()), of(5, x, x), of(5, of(6, x), of(6, x)), of(5, a(), of(6, a()), x), of(6, of(4, none(), x)), times(x, 0, 0), times(of(4, a(), x), 0, 0), of(4, times(x, 0, 0), a()), of(4, e(), of(8, of(4, x, hole()))),
 		} {
 			holdWrong(t, y)
-		}
-		for _, y := range []api.Node{sample.Beside(5, 3000, a()), sample.Beside(4, 3000, e()), sample.Chain(3000)} {
-			for _, place := range []int{1, 1000, 2999} {
-				holdWrong(t, sample.With(y, place, x))
-			}
-		}
-		if t.Failed() {
-			return
 		}
 	}
 }
 
 // One node more than may be: also where few would be left.
 func TestP1203ErrKindOfTooManyNodes(t *testing.T) {
-	for _, x := range []api.Node{
-		sample.Beside(4, 4097, a()), sample.Beside(4, 4097, e()), sample.Beside(4, 4097, none()), sample.Beside(5, 4097, a()), sample.Beside(5, 4097, hole()), sample.Chain(4097), again(4097, 6), again(4097, 8), sample.Nested(4, 2048, true), sample.Nested(5, 2048, false),
-		sample.Beside(4, 1<<18, e()), sample.Beside(5, 1<<18, a()), sample.Chain(1 << 16), sample.Nested(4, 1<<15, true), sample.Nested(5, 1<<15, false), times(sample.Beside(5, 4096, a()), 0, 0),
-	} {
+	for _, x := range sample.TooGreat() {
 		holdWrong(t, x)
 	}
 	// Both Kids of a node are one and the same memory: few nodes are made, and very many met.

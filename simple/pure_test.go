@@ -123,21 +123,11 @@ func TestP1201OneAnswerAndTheNext(t *testing.T) {
 		made, _ := asked(at(i), 2, 3)
 		told = append(told, made)
 	}
-	done := make(chan bool)
-	for i := range 8 {
-		go func() {
-			for n := range told {
-				place := (i*377 + n) % len(told)
-				if made, _ := asked(at(place), 2, 3); !slices.EqualFunc(made, told[place], tree.Same) {
-					t.Errorf("%s what was not told of it ahead", written("at once is told of", at(place)))
-				}
-			}
-			done <- true
-		}()
-	}
-	for range 8 {
-		<-done
-	}
+	sample.AtOnce(len(told), func(place int) {
+		if made, _ := asked(at(place), 2, 3); !slices.EqualFunc(made, told[place], tree.Same) {
+			t.Errorf("%s what was not told of it ahead", written("at once is told of", at(place)))
+		}
+	})
 }
 
 // Trees and numbers of whatever there is: nothing panics, and what may not be is told so.
