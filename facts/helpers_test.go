@@ -23,6 +23,7 @@ var (
 	of, rep          = sample.Of, sample.Rep
 
 	small, above, things, around = sample.Small, sample.Above, sample.Things, sample.Around
+	exactly, greatly             = sample.Exactly, sample.Greatly
 
 	read, brief = texts.Tree, texts.Brief
 )

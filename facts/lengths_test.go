@@ -10,14 +10,6 @@ import (
 	"doublet/tree"
 )
 
-// exactly: a tree that says words of n bytes alone, of few nodes.
-func exactly(n int) api.Node {
-	if n <= 1000 {
-		return rep(a(), n, n)
-	}
-	return of(4, rep(exactly(n/1000), 1000, 1000), rep(a(), n%1000, n%1000))
-}
-
 // holdLengths: what is told of the lengths; longest -1: endless ones.
 func holdLengths(t *testing.T, x api.Node, shortest, longest int) {
 	t.Helper()
@@ -276,24 +268,6 @@ func TestP1003RandomTrees(t *testing.T) {
 	if min(atTop, above0, hollow, endless) < 300 {
 		t.Errorf("%d lengths are Top, %d between, %d trees say no word, %d have no longest one", atTop, above0, hollow, endless)
 	}
-}
-
-// greatly: a tree of some n nodes that says words, with many numbers that are great.
-func greatly(n int, next func(int) int) api.Node {
-	if n <= 1 {
-		return []api.Node{a(), b(), leaf('a', 'z'), e()}[next(4)]
-	}
-	switch next(5) {
-	case 0:
-		return of(4, greatly(n/2, next), greatly(n-1-n/2, next))
-	case 1:
-		return of(5, greatly(n/2, next), greatly(n-1-n/2, next))
-	case 2:
-		lo := next(1001)
-		return rep(greatly(n-1, next), lo, -1)
-	}
-	lo := 1 + next(1000)
-	return rep(greatly(n-1, next), lo, lo+next(1001-lo))
 }
 
 func TestP1003GreatTreesMayBe(t *testing.T) {

@@ -195,6 +195,38 @@ func TestSpoken(t *testing.T) {
 	}
 }
 
+func TestExactly(t *testing.T) {
+	next := Chances()
+	for _, n := range []int{0, 1, 2, 999, 1000, 1001, 2345, 99999} {
+		x := Exactly(n)
+		if w, ok := Spoken(x, n, next); w != strings.Repeat("a", n) || !ok || !tree.Right(x) {
+			t.Errorf("Exactly(%d) says a word of %d bytes, %t", n, len(w), ok)
+		}
+		if _, ok := Spoken(x, n-1, next); ok && n > 0 {
+			t.Errorf("Exactly(%d) says a shorter word", n)
+		}
+	}
+}
+
+func TestGreatly(t *testing.T) {
+	next := Chances()
+	var l []api.Node
+	great := 0
+	for n := range 300 {
+		x := Greatly(1+n%50, next)
+		if !tree.Right(x) {
+			t.Errorf("%v may not be", x)
+		}
+		if x.Lo > 500 {
+			great++
+		}
+		l = append(l, x)
+	}
+	if great < 50 || tree.Size(Of(api.KindAlt, l...)) < 2000 {
+		t.Errorf("%d numbers are great, and there are %d nodes", great, tree.Size(Of(api.KindAlt, l...)))
+	}
+}
+
 func TestEvery(t *testing.T) {
 	l := Every(5, []api.Node{Of(1), A()}, [2]int{7, 11}, [2]int{0, -1})
 	// By hand: 5 nodes above each tree of one less, and two above each list of two or more.

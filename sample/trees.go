@@ -123,6 +123,33 @@ func Small(n int, next func(most int) int) api.Node {
 	return Of(api.KindCat+api.Kind(next(2)), l...)
 }
 
+// Greatly: a tree of some n nodes that says words, with many numbers that are great.
+func Greatly(n int, next func(most int) int) api.Node {
+	if n <= 1 {
+		return []api.Node{A(), B(), Leaf('a', 'z'), Empty()}[next(4)]
+	}
+	switch next(5) {
+	case 0:
+		return Of(api.KindCat, Greatly(n/2, next), Greatly(n-1-n/2, next))
+	case 1:
+		return Of(api.KindAlt, Greatly(n/2, next), Greatly(n-1-n/2, next))
+	case 2:
+		lo := next(api.MaxRep + 1)
+		return Rep(Greatly(n-1, next), lo, -1)
+	}
+	lo := 1 + next(api.MaxRep)
+	return Rep(Greatly(n-1, next), lo, lo+next(api.MaxRep+1-lo))
+}
+
+// Exactly: a tree of few nodes that says one word, of n times an a.
+func Exactly(n int) api.Node {
+	if n <= api.MaxRep {
+		return Rep(A(), n, n)
+	}
+	left := n % api.MaxRep
+	return Of(api.KindCat, Rep(Exactly(n/api.MaxRep), api.MaxRep, api.MaxRep), Rep(A(), left, left))
+}
+
 // Every: all trees of up to so many nodes, by how many there are: those of one node are leaves, and a KindRep has one of some ends. They share what is below their first nodes.
 func Every(most int, leaves []api.Node, ends ...[2]int) [][]api.Node {
 	// rows: all lists of trees, by how many nodes there are in all.
