@@ -1,14 +1,11 @@
 package nfa
 
 import (
-	"fmt"
 	"math"
 	"slices"
-	"strings"
 	"testing"
 
 	"doublet/api"
-	"doublet/class"
 	"doublet/sample"
 	"doublet/texts"
 )
@@ -26,64 +23,16 @@ var (
 	none, hole, leaf = sample.None, sample.Hole, sample.Leaf
 	of, rep, exactly = sample.Of, sample.Rep, sample.Exactly
 
-	read, brief = texts.Tree, texts.Brief
+	read, brief             = texts.Tree, texts.Brief
+	linksOf, edgesOf, shown = texts.Links, texts.Edges, texts.Machine
+	several, front          = texts.Several, texts.Front
+
+	bare, full, outsides = sample.Bare, sample.Full, sample.Outside
+	numbersOf, someTrees = sample.Numbers, sample.SomeTrees
 )
 
 // again: some trees that are all alike.
 func again(n int, x api.Node) []api.Node { return slices.Repeat([]api.Node{x}, n) }
-
-// someTrees: fewer than most random trees, with small numbers but for a few.
-func someTrees(most int, next func(most int) int) []api.Node {
-	var l []api.Node
-	for range next(most) {
-		x := sample.Small(1+next(25), next)
-		if next(4) == 0 {
-			x = sample.Grown(1+next(5), next)
-		}
-		l = append(l, x)
-	}
-	return l
-}
-
-// linksOf: links as a text, 1>2 3>4.
-func linksOf(l []api.Link) string {
-	var pieces []string
-	for _, link := range l {
-		pieces = append(pieces, fmt.Sprintf("%d>%d", link.From, link.To))
-	}
-	return strings.Join(pieces, " ")
-}
-
-// edgesOf: edges as a text, 0[a]1 1[bc]2.
-func edgesOf(l []api.Edge) string {
-	var pieces []string
-	for _, edge := range l {
-		pieces = append(pieces, fmt.Sprintf("%d%s%d", edge.From, class.Show(edge.Set), edge.To))
-	}
-	return strings.Join(pieces, " ")
-}
-
-// shown: all of a machine as a text; two machines have one text just if nothing tells them apart.
-func shown(n api.Nfa) string {
-	return fmt.Sprintf("%d states from %d, links %s, edges %s, labels %v", n.States, n.Start, linksOf(n.Links), edgesOf(n.Edges), n.Accept)
-}
-
-// front: of a text what has room in a line.
-func front(text string) string {
-	if len(text) > 600 {
-		return text[:600] + " .."
-	}
-	return text
-}
-
-// several: the front of what some trees are written as.
-func several(l []api.Node) string {
-	var pieces []string
-	for _, x := range l[:min(len(l), 5)] {
-		pieces = append(pieces, brief(x))
-	}
-	return fmt.Sprintf("%d trees, %s", len(l), front(strings.Join(pieces, " and ")))
-}
 
 // made: the machine of trees that has one.
 func made(t *testing.T, l ...api.Node) api.Nfa {

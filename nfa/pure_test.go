@@ -1,41 +1,14 @@
 package nfa
 
 import (
-	"slices"
 	"testing"
 
 	"doublet/api"
 	"doublet/sample"
-	"doublet/sets"
 )
 
 // withRoom: a machine as a text, with what lies behind its lists.
-func withRoom(n api.Nfa) string {
-	n.Links, n.Edges, n.Accept = n.Links[:cap(n.Links)], n.Edges[:cap(n.Edges)], n.Accept[:cap(n.Accept)]
-	return shown(n)
-}
-
-// roomy: the same machine, with room behind its lists, and marks in it.
-func roomy(n api.Nfa) api.Nfa {
-	n.Links = append(slices.Clone(n.Links), api.Link{From: 5, To: 6})[:len(n.Links)]
-	n.Edges = append(slices.Clone(n.Edges), api.Edge{From: 7, Set: sets.Of('#'), To: 8})[:len(n.Edges)]
-	n.Accept = append(slices.Clone(n.Accept), 9)[:len(n.Accept)]
-	return n
-}
-
-// scribble writes over all that lies in a machine's lists, and behind them.
-func scribble(n api.Nfa) {
-	links, edges, labels := n.Links[:cap(n.Links)], n.Edges[:cap(n.Edges)], n.Accept[:cap(n.Accept)]
-	for i := range links {
-		links[i] = api.Link{From: 77, To: 78}
-	}
-	for i := range edges {
-		edges[i] = api.Edge{From: 79, Set: sets.All(), To: 80}
-	}
-	for i := range labels {
-		labels[i] = 81
-	}
-}
+func withRoom(n api.Nfa) string { return shown(sample.Stretched(n)) }
 
 // rows: lists of trees, such as have a machine and such as have none.
 func rows() [][]api.Node {
@@ -76,13 +49,13 @@ func TestP1601ArgumentsStay(t *testing.T) {
 	}
 	next := sample.Chances()
 	for range 3000 {
-		plain := anyMachine(next)
+		plain := sample.AnyMachine(1+next(30), next)
 		// Most of them may not be then.
 		for range next(3) {
 			l := numbersOf(&plain)
 			*l[next(len(l))] = []int{least, -1, 0, 65, greatest}[next(5)]
 		}
-		x, y := roomy(plain), roomy(plain)
+		x, y := sample.RoomyMachine(plain), sample.RoomyMachine(plain)
 		kept := withRoom(x)
 		if Right(x) != Right(plain) || !Same(x, y) || !Same(plain, x) {
 			t.Errorf("what is told of %s hangs on the room behind", shown(plain))
@@ -103,7 +76,7 @@ func TestP1601NewMemory(t *testing.T) {
 		if shown(first) != want {
 			t.Errorf("Of %s is told in two ways:\n%s, and\n%s", several(l), front(shown(first)), front(want))
 		}
-		scribble(first)
+		sample.ScribbleMachine(first)
 		if shown(second) != want {
 			t.Errorf("the answers of Of %s share memory", several(l))
 		}

@@ -17,27 +17,6 @@ func holdRight(t *testing.T, what string, n api.Nfa, want bool) {
 	}
 }
 
-// bare: a machine of so many states, without links and edges, that has a 0 for each state.
-func bare(states int) api.Nfa { return api.Nfa{States: states, Accept: make([]int, states)} }
-
-// full: one with links and edges between its states, and a label on each.
-func full(states int) api.Nfa {
-	n := bare(states)
-	n.Start = states / 2
-	for i := range min(states, 20) {
-		other := states - 1 - i
-		n.Links = append(n.Links, api.Link{From: i, To: other}, api.Link{From: other, To: other}, api.Link{From: i, To: other})
-		n.Edges = append(n.Edges, api.Edge{From: other, Set: sets.Of(byte(i)), To: i}, api.Edge{From: i, To: i})
-		n.Accept[other] = 1 + i*3
-	}
-	return n
-}
-
-// outsides: numbers that are none of so many states.
-func outsides(states int) []int {
-	return []int{least, -1 << 32, -states - 1, -states, -2, -1, states, states + 1, 2*states + 1, 1 << 32, greatest}
-}
-
 // counts: numbers of states that are looked at one by one.
 func counts() []int { return []int{1, 2, 3, 7, 64, 65, 1000, 65535, 65536} }
 
@@ -156,43 +135,12 @@ func TestP1604RightLabels(t *testing.T) {
 	}
 }
 
-// A random machine that may be.
-func anyMachine(next func(most int) int) api.Nfa {
-	n := bare(1 + next(30))
-	n.Start = next(n.States)
-	for range next(20) {
-		n.Links = append(n.Links, api.Link{From: next(n.States), To: next(n.States)})
-	}
-	for range next(20) {
-		n.Edges = append(n.Edges, api.Edge{From: next(n.States), Set: api.Set{uint64(next(8)), 0, 0, uint64(next(8))}, To: next(n.States)})
-	}
-	for range next(20) {
-		n.Accept[next(n.States)] = next(65)
-	}
-	return n
-}
-
-// numbersOf: all numbers of a machine but those of its sets.
-func numbersOf(n *api.Nfa) []*int {
-	l := []*int{&n.States, &n.Start}
-	for i := range n.Links {
-		l = append(l, &n.Links[i].From, &n.Links[i].To)
-	}
-	for i := range n.Edges {
-		l = append(l, &n.Edges[i].From, &n.Edges[i].To)
-	}
-	for i := range n.Accept {
-		l = append(l, &n.Accept[i])
-	}
-	return l
-}
-
 // Random machines with whatever numbers at one place, and at several ones.
 func TestP1604RightWhatever(t *testing.T) {
 	next := sample.Chances()
 	met := map[bool]int{}
 	for range 30000 {
-		n := anyMachine(next)
+		n := sample.AnyMachine(1+next(30), next)
 		holdRight(t, "right numbers", n, true)
 		// Neither a state, nor a label, nor how many labels there are.
 		wrong := []int{least, -65536, -2, -1, 65, 66, 1000, 65536, 65537, 1 << 40, greatest}
@@ -208,7 +156,7 @@ func TestP1604RightWhatever(t *testing.T) {
 		t.Errorf("so often a machine may be, and may not: %v", met)
 	}
 	for range 3000 {
-		n := anyMachine(next)
+		n := sample.AnyMachine(1+next(30), next)
 		most := n.States
 		for _, number := range numbersOf(&n)[1:] {
 			*number = next(most+2) - next(2)

@@ -95,7 +95,7 @@ func TestP1604SameButForOneThing(t *testing.T) {
 		}
 	}
 	for range 100 {
-		l = append(l, anyMachine(next))
+		l = append(l, sample.AnyMachine(1+next(30), next))
 	}
 	for _, n := range l {
 		holdSame(t, n, n, true)
@@ -118,7 +118,7 @@ func TestP1604SamePairs(t *testing.T) {
 		l = append(l, made(t, x), made(t, x))
 	}
 	for range 50 {
-		n := anyMachine(next)
+		n := sample.AnyMachine(1+next(30), next)
 		l = append(l, n, cloned(n))
 	}
 	texts := make([]string, len(l))

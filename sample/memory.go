@@ -1,6 +1,7 @@
 package sample
 
 import (
+	"slices"
 	"strconv"
 
 	"doublet/api"
@@ -73,4 +74,32 @@ func Shared(l ...api.Node) bool {
 		}
 	}
 	return false
+}
+
+// RoomyMachine: the same machine, in lists that have room behind them, with marks in it.
+func RoomyMachine(n api.Nfa) api.Nfa {
+	n.Links = append(slices.Clone(n.Links), api.Link{From: 5, To: 6})[:len(n.Links)]
+	n.Edges = append(slices.Clone(n.Edges), api.Edge{From: 7, Set: sets.Of('#'), To: 8})[:len(n.Edges)]
+	n.Accept = append(slices.Clone(n.Accept), 9)[:len(n.Accept)]
+	return n
+}
+
+// Stretched: a machine whose lists go on to the end of the room behind them.
+func Stretched(n api.Nfa) api.Nfa {
+	n.Links, n.Edges, n.Accept = n.Links[:cap(n.Links)], n.Edges[:cap(n.Edges)], n.Accept[:cap(n.Accept)]
+	return n
+}
+
+// ScribbleMachine writes over all that lies in a machine's lists, and behind them.
+func ScribbleMachine(n api.Nfa) {
+	n = Stretched(n)
+	for i := range n.Links {
+		n.Links[i] = api.Link{From: 77, To: 78}
+	}
+	for i := range n.Edges {
+		n.Edges[i] = api.Edge{From: 79, Set: sets.All(), To: 80}
+	}
+	for i := range n.Accept {
+		n.Accept[i] = 81
+	}
 }

@@ -370,6 +370,19 @@ func Wild(next func(most int) int) api.Node {
 	return made(next(4))
 }
 
+// SomeTrees: fewer than most random trees, with small numbers but for a few.
+func SomeTrees(most int, next func(most int) int) []api.Node {
+	var l []api.Node
+	for range next(most) {
+		x := Small(1+next(25), next)
+		if next(4) == 0 {
+			x = Grown(1+next(5), next)
+		}
+		l = append(l, x)
+	}
+	return l
+}
+
 // With: a tree with the node at a place, counted from the top and the left, made another one.
 func With(x api.Node, place int, y api.Node) api.Node {
 	var made func(x api.Node) api.Node

@@ -1,10 +1,12 @@
-// Package texts makes trees of texts, and texts of trees, for the tests of packages above show; the program itself does not call it.
+// Package texts makes trees of texts, and texts of trees and machines, for the tests of packages above show; the program itself does not call it.
 package texts
 
 import (
 	"strconv"
+	"strings"
 
 	"doublet/api"
+	"doublet/class"
 	"doublet/parse"
 	"doublet/sample"
 	"doublet/show"
@@ -35,6 +37,50 @@ func Brief(x api.Node) string {
 	}
 	if len(text) > 300 {
 		text = text[:300] + " .."
+	}
+	return text
+}
+
+// Several: the front of what some trees are written as.
+func Several(l []api.Node) string {
+	var pieces []string
+	for _, x := range l[:min(len(l), 5)] {
+		pieces = append(pieces, Brief(x))
+	}
+	return strconv.Itoa(len(l)) + " trees, " + Front(strings.Join(pieces, " and "))
+}
+
+// Links: links as a text, 1>2 3>4.
+func Links(l []api.Link) string {
+	var pieces []string
+	for _, link := range l {
+		pieces = append(pieces, strconv.Itoa(link.From)+">"+strconv.Itoa(link.To))
+	}
+	return strings.Join(pieces, " ")
+}
+
+// Edges: edges as a text, 0[a]1 1[bc]2.
+func Edges(l []api.Edge) string {
+	var pieces []string
+	for _, edge := range l {
+		pieces = append(pieces, strconv.Itoa(edge.From)+class.Show(edge.Set)+strconv.Itoa(edge.To))
+	}
+	return strings.Join(pieces, " ")
+}
+
+// Machine: all of a machine as a text; two machines have one text just if nothing tells them apart.
+func Machine(n api.Nfa) string {
+	var labels []string
+	for _, label := range n.Accept {
+		labels = append(labels, strconv.Itoa(label))
+	}
+	return strconv.Itoa(n.States) + " states from " + strconv.Itoa(n.Start) + ", links " + Links(n.Links) + ", edges " + Edges(n.Edges) + ", labels [" + strings.Join(labels, " ") + "]"
+}
+
+// Front: of a text what has room in a line.
+func Front(text string) string {
+	if len(text) > 600 {
+		return text[:600] + " .."
 	}
 	return text
 }

@@ -1,6 +1,7 @@
 package texts
 
 import (
+	"slices"
 	"strings"
 	"testing"
 
@@ -40,5 +41,43 @@ func TestBrief(t *testing.T) {
 		if got := Brief(x); len(got) > 310 || strings.TrimSpace(got) == "" {
 			t.Errorf("Brief has %d bytes", len(got))
 		}
+	}
+}
+
+func TestMachine(t *testing.T) {
+	n := api.Nfa{States: 4, Start: 1, Links: []api.Link{{From: 1, To: 2}, {From: -3, To: 40}}, Edges: []api.Edge{{From: 0, Set: sample.A().Set, To: 1}, {From: 1, Set: sample.Leaf('b', 'c').Set, To: 2}}, Accept: []int{0, 64, -1, 5}}
+	if got, want := Machine(n), "4 states from 1, links 1>2 -3>40, edges 0[a]1 1[bc]2, labels [0 64 -1 5]"; got != want {
+		t.Errorf("Machine is %q, want %q", got, want)
+	}
+	if got, want := Machine(api.Nfa{}), "0 states from 0, links , edges , labels []"; got != want {
+		t.Errorf("Machine is %q, want %q", got, want)
+	}
+	kept := Machine(n)
+	for i := range sample.Numbers(&n) {
+		number := sample.Numbers(&n)[i]
+		*number += 7
+		if Machine(n) == kept {
+			t.Errorf("Machine does not tell the number %d", i)
+		}
+		*number -= 7
+	}
+}
+
+func TestSeveralAndFront(t *testing.T) {
+	for n, want := range []string{"0 trees, ", "1 trees, a", "2 trees, a and b*", "3 trees, a and b* and "} {
+		if got := Several([]api.Node{sample.A(), Tree("b*"), sample.Empty()}[:n]); got != want {
+			t.Errorf("Several is %q, want %q", got, want)
+		}
+	}
+	if got := Several(slices.Repeat([]api.Node{sample.Beside(4, 4096, sample.A())}, 1000)); len(got) > 650 || !strings.HasPrefix(got, "1000 trees") {
+		t.Errorf("Several has %d bytes", len(got))
+	}
+	for _, n := range []int{0, 1, 599, 600} {
+		if got := Front(strings.Repeat("x", n)); len(got) != n {
+			t.Errorf("Front of %d bytes has %d", n, len(got))
+		}
+	}
+	if got := Front(strings.Repeat("x", 601)); got != strings.Repeat("x", 600)+" .." {
+		t.Errorf("Front of 601 bytes is %q", got)
 	}
 }

@@ -1,0 +1,130 @@
+package closure
+
+import (
+	"fmt"
+	"math"
+	"slices"
+	"testing"
+
+	"doublet/api"
+	"doublet/nfa"
+	"doublet/sample"
+	"doublet/sets"
+	"doublet/texts"
+)
+
+const (
+	greatest = math.MaxInt
+	least    = math.MinInt
+)
+
+// Short names for what most trees and machines are made of.
+var (
+	a, b, c, e = sample.A, sample.B, sample.C, sample.Empty
+	none, hole = sample.None, sample.Hole
+	of, rep    = sample.Of, sample.Rep
+
+	bare, full, outsides = sample.Bare, sample.Full, sample.Outside
+	shown, front         = texts.Machine, texts.Front
+	read, several        = texts.Tree, texts.Several
+)
+
+// linked: a machine of so many states with links, from one to another one, two by two.
+func linked(states int, ends ...int) api.Nfa {
+	n := bare(states)
+	for ends := range slices.Chunk(ends, 2) {
+		n.Links = append(n.Links, api.Link{From: ends[0], To: ends[1]})
+	}
+	return n
+}
+
+// edge: one by some bytes.
+func edge(from int, bytes string, to int) api.Edge {
+	return api.Edge{From: from, Set: sets.Of([]byte(bytes)...), To: to}
+}
+
+// at: a machine that may be, at work.
+func at(t *testing.T, n api.Nfa) *Machine {
+	t.Helper()
+	m, wrong := New(n)
+	if m == nil || wrong != api.OK {
+		t.Fatalf("New of %s tells %d", front(shown(n)), wrong)
+	}
+	return m
+}
+
+// ofTrees: the machine of trees, at work.
+func ofTrees(t *testing.T, l ...api.Node) *Machine {
+	t.Helper()
+	n, wrong := nfa.Of(l)
+	if wrong != api.OK {
+		t.Fatalf("%s have no machine: %d", several(l), wrong)
+	}
+	return at(t, n)
+}
+
+// ofTexts: likewise, of trees that are written out.
+func ofTexts(t *testing.T, l ...string) *Machine {
+	t.Helper()
+	var trees []api.Node
+	for _, text := range l {
+		trees = append(trees, read(text))
+	}
+	return ofTrees(t, trees...)
+}
+
+// holdList: a call tells just these numbers, in this order.
+func holdList(t *testing.T, got, want []int, what string, about ...any) {
+	t.Helper()
+	if !slices.Equal(got, want) {
+		t.Errorf("%s is %s, want %s", fmt.Sprintf(what, about...), front(fmt.Sprint(got)), front(fmt.Sprint(want)))
+	}
+}
+
+// upTo: the numbers from lo, below hi.
+func upTo(lo, hi int) []int {
+	var l []int
+	for i := lo; i < hi; i++ {
+		l = append(l, i)
+	}
+	return l
+}
+
+// union: what is in one of some lists, rising, each once.
+func union(l ...[]int) []int {
+	all := slices.Concat(l...)
+	slices.Sort(all)
+	return slices.Compact(all)
+}
+
+// shuffled: a list's elements in another order.
+func shuffled[T any](l []T, next func(most int) int) []T {
+	l = slices.Clone(l)
+	for i := range l {
+		j := next(i + 1)
+		l[i], l[j] = l[j], l[i]
+	}
+	return l
+}
+
+// anyList: numbers of which most are states, in any order, some of them several times.
+func anyList(states int, next func(most int) int) []int {
+	var l []int
+	for range next(8) {
+		l = append(l, next(states))
+	}
+	switch next(4) {
+	case 0:
+		l = append(l, l...)
+	case 1:
+		some := outsides(states)
+		l = append(l, some[next(len(some))], some[next(len(some))])
+	}
+	return shuffled(l, next)
+}
+
+// machineOf: the machine of trees; one without states, if there is none.
+func machineOf(l ...api.Node) api.Nfa {
+	n, _ := nfa.Of(l)
+	return n
+}
