@@ -9,7 +9,6 @@ import (
 	"doublet/api"
 	"doublet/nfa"
 	"doublet/sample"
-	"doublet/sets"
 	"doublet/texts"
 )
 
@@ -25,23 +24,10 @@ var (
 	of, rep    = sample.Of, sample.Rep
 
 	bare, full, outsides = sample.Bare, sample.Full, sample.Outside
+	linked, edge         = sample.Linked, sample.Edge
 	shown, front         = texts.Machine, texts.Front
 	read, several        = texts.Tree, texts.Several
 )
-
-// linked: a machine of so many states with links, from one to another one, two by two.
-func linked(states int, ends ...int) api.Nfa {
-	n := bare(states)
-	for ends := range slices.Chunk(ends, 2) {
-		n.Links = append(n.Links, api.Link{From: ends[0], To: ends[1]})
-	}
-	return n
-}
-
-// edge: one by some bytes.
-func edge(from int, bytes string, to int) api.Edge {
-	return api.Edge{From: from, Set: sets.Of([]byte(bytes)...), To: to}
-}
 
 // at: a machine that may be, at work.
 func at(t *testing.T, n api.Nfa) *Machine {

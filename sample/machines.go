@@ -15,6 +15,20 @@ const Edgy = "\x00\x3f\x40ab\x7f\x80\xbf\xc0\xff"
 // Bare: a machine of so many states, without links and edges, that has the label 0 for each state.
 func Bare(states int) api.Nfa { return api.Nfa{States: states, Accept: make([]int, states)} }
 
+// Linked: one of so many states with links, from one state to another one, two by two.
+func Linked(states int, ends ...int) api.Nfa {
+	n := Bare(states)
+	for ends := range slices.Chunk(ends, 2) {
+		n.Links = append(n.Links, api.Link{From: ends[0], To: ends[1]})
+	}
+	return n
+}
+
+// Edge: one by some bytes.
+func Edge(from int, bytes string, to int) api.Edge {
+	return api.Edge{From: from, Set: sets.Of([]byte(bytes)...), To: to}
+}
+
 // Full: one with links and edges between its states, and labels.
 func Full(states int) api.Nfa {
 	n := Bare(states)

@@ -28,6 +28,22 @@ func TestMachinesThatMayBe(t *testing.T) {
 	}
 }
 
+func TestLinkedAndEdge(t *testing.T) {
+	want := api.Nfa{States: 3, Links: []api.Link{{From: 0, To: 2}, {From: 2, To: 2}}, Accept: []int{0, 0, 0}}
+	if n := Linked(3, 0, 2, 2, 2); !nfa.Same(n, want) {
+		t.Errorf("Linked is %v", n)
+	}
+	if n := Linked(5); !nfa.Same(n, Bare(5)) {
+		t.Errorf("Linked without links is %v", n)
+	}
+	if e := Edge(4, "a\xff", 1); e != (api.Edge{From: 4, Set: sets.Of('a', 255), To: 1}) {
+		t.Errorf("Edge is %v", e)
+	}
+	if e := Edge(0, "", 2); e != (api.Edge{To: 2}) {
+		t.Errorf("Edge by no byte is %v", e)
+	}
+}
+
 func TestAnySet(t *testing.T) {
 	next := Chances()
 	met := [257]int{}
