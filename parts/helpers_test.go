@@ -81,19 +81,8 @@ func singles() []api.Set {
 	return l
 }
 
-// shown: classes as a text, by the pieces that have one number: 0-96:0 97:1.
-func shown(of classes) string {
-	var pieces []string
-	for from := 0; from < 256; {
-		to := from
-		for to < 255 && of[to+1] == of[from] {
-			to++
-		}
-		pieces = append(pieces, strconv.Itoa(from)+"-"+strconv.Itoa(to)+":"+strconv.Itoa(int(of[from])))
-		from = to + 1
-	}
-	return texts.Front(strings.Join(pieces, " "))
-}
+// shown: the front of classes, as a text.
+func shown(of classes) string { return texts.Front(texts.Classes(of)) }
 
 // shownSets: how many sets there are, and the front of them.
 func shownSets(l []api.Set) string {

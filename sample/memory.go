@@ -103,3 +103,45 @@ func ScribbleMachine(n api.Nfa) {
 		n.Accept[i] = 81
 	}
 }
+
+// RoomyDfa: the same machine, in lists that have room behind them, with marks in it.
+func RoomyDfa(d api.Dfa) api.Dfa {
+	rows := make([][]int, 0, len(d.Next)+1)
+	for _, row := range d.Next {
+		rows = append(rows, append(slices.Clone(row), 1, 66)[:len(row)])
+	}
+	d.Next = append(rows, []int{1, 67})[:len(rows)]
+	d.Label = append(slices.Clone(d.Label), 1, 68)[:len(d.Label)]
+	d.Names = append(slices.Clone(d.Names), "mark")[:len(d.Names)]
+	return d
+}
+
+// StretchedDfa: a machine whose lists, and rows, go on to the end of the room behind them.
+func StretchedDfa(d api.Dfa) api.Dfa {
+	rows := d.Next[:cap(d.Next)]
+	d.Next = make([][]int, len(rows))
+	for s, row := range rows {
+		d.Next[s] = row[:cap(row)]
+	}
+	d.Label, d.Names = d.Label[:cap(d.Label)], d.Names[:cap(d.Names)]
+	return d
+}
+
+// ScribbleDfa writes over all that lies in a machine's lists, and rows, and behind them.
+func ScribbleDfa(d api.Dfa) {
+	rows := d.Next[:cap(d.Next)]
+	for s, row := range rows {
+		row = row[:cap(row)]
+		for c := range row {
+			row[c] = 77
+		}
+		rows[s] = []int{78}
+	}
+	d = StretchedDfa(d)
+	for s := range d.Label {
+		d.Label[s] = 79
+	}
+	for place := range d.Names {
+		d.Names[place] = "scribbled"
+	}
+}

@@ -77,6 +77,55 @@ func Machine(n api.Nfa) string {
 	return strconv.Itoa(n.States) + " states from " + strconv.Itoa(n.Start) + ", links " + Links(n.Links) + ", edges " + Edges(n.Edges) + ", labels [" + strings.Join(labels, " ") + "]"
 }
 
+// Classes: classes of bytes as a text, by the pieces that have one number: 0-96:0 97-97:1.
+func Classes(of [256]uint8) string {
+	var pieces []string
+	for from := 0; from < 256; {
+		to := from
+		for to < 255 && of[to+1] == of[from] {
+			to++
+		}
+		pieces = append(pieces, strconv.Itoa(from)+"-"+strconv.Itoa(to)+":"+strconv.Itoa(int(of[from])))
+		from = to + 1
+	}
+	return strings.Join(pieces, " ")
+}
+
+// Dfa: all of a machine that is in one state as a text; two machines have one text just if nothing tells them apart.
+func Dfa(d api.Dfa) string {
+	text := []byte("rows")
+	for _, row := range d.Next {
+		text = appendNumbers(append(text, ' '), row)
+	}
+	text = appendNumbers(append(text, ", labels "...), d.Label)
+	text = append(text, ", names"...)
+	for _, name := range d.Names {
+		text = strconv.AppendQuote(append(text, ' '), name)
+	}
+	return string(text) + ", width " + strconv.Itoa(d.Width) + ", classes " + Classes(d.Of)
+}
+
+// appendNumbers: numbers as a text, [1 2], behind another one.
+func appendNumbers(text []byte, l []int) []byte {
+	text = append(text, '[')
+	for i, n := range l {
+		if i > 0 {
+			text = append(text, ' ')
+		}
+		text = strconv.AppendInt(text, int64(n), 10)
+	}
+	return append(text, ']')
+}
+
+// BriefDfa: the front of that, with how many states and classes there are; of a great machine no more, for the text would have millions of bytes.
+func BriefDfa(d api.Dfa) string {
+	text := strconv.Itoa(len(d.Label)) + " states of width " + strconv.Itoa(d.Width)
+	if len(d.Next) > 100 {
+		return text
+	}
+	return text + ": " + Front(Dfa(d))
+}
+
 // Front: of a text what has room in a line.
 func Front(text string) string {
 	if len(text) > 600 {

@@ -63,6 +63,48 @@ func TestMachine(t *testing.T) {
 	}
 }
 
+func TestClasses(t *testing.T) {
+	for want, of := range map[string][256]uint8{"0-255:0": {}, "0-96:0 97-97:1 98-255:0": {'a': 1}, "0-0:9 1-1:4 2-254:0 255-255:7": {9, 4, 255: 7}} {
+		if got := Classes(of); got != want {
+			t.Errorf("Classes is %q, want %q", got, want)
+		}
+	}
+}
+
+func TestDfa(t *testing.T) {
+	d := api.Dfa{Of: [256]uint8{'a': 1}, Width: 2, Next: [][]int{{0, -1}, {}, {12}}, Label: []int{0, 3}, Names: []string{"a", "b c"}}
+	want := `rows [0 -1] [] [12], labels [0 3], names "a" "b c", width 2, classes 0-96:0 97-97:1 98-255:0`
+	if got := Dfa(d); got != want {
+		t.Errorf("Dfa is %q, want %q", got, want)
+	}
+	if got := BriefDfa(d); got != "2 states of width 2: "+want {
+		t.Errorf("BriefDfa is %q", got)
+	}
+	if got, want := Dfa(api.Dfa{}), "rows, labels [], names, width 0, classes 0-255:0"; got != want {
+		t.Errorf("Dfa is %q, want %q", got, want)
+	}
+	met := map[string]bool{}
+	l := []api.Dfa{d, {}, {Width: 1}, {Of: [256]uint8{1}}, {Of: [256]uint8{255: 1}}, {Label: []int{1}}, {Label: []int{11}}, {Label: []int{1, 1}}}
+	for _, rows := range [][][]int{{nil}, {nil, nil}, {{1}}, {{11}}, {{1, 1}}, {{1}, {1}}, {{1}, nil}} {
+		l = append(l, api.Dfa{Next: rows})
+	}
+	for _, names := range [][]string{{""}, {"", ""}, {"a"}, {"ab"}, {"a", "b"}, {"a b"}, {"a\" \"b"}, {"\xff"}, {"\ufffd"}} {
+		l = append(l, api.Dfa{Names: names})
+	}
+	for _, d := range l {
+		met[Dfa(d)] = true
+	}
+	if len(met) != len(l) {
+		t.Errorf("Dfa tells %d machines in %d ways", len(l), len(met))
+	}
+	// Of a great machine no more is told than has room in a line.
+	for _, d := range []api.Dfa{sample.Quiet(65536, 3), sample.Quiet(2, 256), sample.Leading(100, 256, 64), {Names: slices.Repeat([]string{"a"}, 1000)}} {
+		if got := BriefDfa(d); len(got) > 650 || !strings.Contains(got, "states of width") {
+			t.Errorf("BriefDfa has %d bytes: %s", len(got), got)
+		}
+	}
+}
+
 func TestSeveralAndFront(t *testing.T) {
 	for n, want := range []string{"0 trees, ", "1 trees, a", "2 trees, a and b*", "3 trees, a and b* and "} {
 		if got := Several([]api.Node{sample.A(), Tree("b*"), sample.Empty()}[:n]); got != want {
