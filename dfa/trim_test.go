@@ -35,28 +35,6 @@ func TestP2004TrimWrittenOut(t *testing.T) {
 	holdTrim(t, d, want)
 }
 
-// wordsOf: all words of one byte of each class, up to some hundred; and random ones.
-func wordsOf(d api.Dfa, next func(most int) int) []string {
-	bytes := ""
-	for class := range d.Width {
-		// Not always the least byte of the class.
-		b := next(256)
-		for int(d.Of[b]) != class {
-			b = (b + 1) % 256
-		}
-		bytes += string([]byte{byte(b)})
-	}
-	length := 1
-	for power := len(bytes); power*len(bytes) < 200 && length < 8; power *= len(bytes) {
-		length++
-	}
-	l := sample.AllWords(bytes, length)
-	for i := range 40 {
-		l = append(l, sample.AnyWord(i, bytes, next))
-	}
-	return l
-}
-
 // holdTrimmed: Trim tells the same of words, and has no state at which it may not be.
 func holdTrimmed(t *testing.T, d api.Dfa, words []string) {
 	t.Helper()
@@ -97,7 +75,7 @@ func TestP2005RandomMachines(t *testing.T) {
 	met := map[int]int{}
 	for i := range 400 {
 		d := sample.AnyDfa(1+next(1+i%40), next)
-		holdTrimmed(t, d, wordsOf(d, next))
+		holdTrimmed(t, d, sample.ClassWords(d, next))
 		met[min(1, len(d.Label)-len(Reach(d)))]++
 		if t.Failed() {
 			return

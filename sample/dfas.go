@@ -90,6 +90,28 @@ func AnyDfa(states int, next func(most int) int) api.Dfa {
 	return d
 }
 
+// ClassWords: all words of one byte of each class of a machine, up to some hundred; and random ones.
+func ClassWords(d api.Dfa, next func(most int) int) []string {
+	classes := make([][]byte, d.Width)
+	for b, class := range d.Of {
+		classes[class] = append(classes[class], byte(b))
+	}
+	bytes := ""
+	for _, some := range classes {
+		at := next(len(some))
+		bytes += string(some[at : at+1])
+	}
+	length := 1
+	for power := len(bytes); power*len(bytes) < 200 && length < 8; power *= len(bytes) {
+		length++
+	}
+	l := AllWords(bytes, length)
+	for i := range 40 {
+		l = append(l, AnyWord(i, bytes, next))
+	}
+	return l
+}
+
 // WithRow: the same machine but for one row; all other rows lie in the same memory.
 func WithRow(d api.Dfa, s int, row []int) api.Dfa {
 	d.Next = slices.Clone(d.Next)

@@ -107,6 +107,39 @@ func TestAnyDfa(t *testing.T) {
 	}
 }
 
+// Words of each class, all short ones and some long ones.
+func TestClassWords(t *testing.T) {
+	next := Chances()
+	for _, width := range []int{1, 2, 3, 5, 14, 100, 256} {
+		d := Quiet(2, width)
+		l := ClassWords(d, next)
+		classes, met := map[uint8]int{}, map[string]int{}
+		longest, least := 0, 0
+		for _, w := range l {
+			longest = max(longest, len(w))
+			text := make([]byte, len(w))
+			for i := range len(w) {
+				text[i] = d.Of[w[i]]
+				classes[text[i]]++
+			}
+			met[string(text)]++
+			if len(w) == 1 && (w[0] == 0 || d.Of[w[0]-1] != d.Of[w[0]]) {
+				least++
+			}
+		}
+		short := 1 + width
+		if width*width < 200 {
+			short += width * width
+		}
+		if len(classes) != width || longest != 39 || len(l) > 1000 || len(met) < short || met[""] == 0 {
+			t.Errorf("of %d classes there are %d, in %d words of up to %d bytes", width, len(classes), len(met), longest)
+		}
+		if least > 3+width/2 && width < 256 {
+			t.Errorf("of %d classes %d bytes are the least ones", width, least)
+		}
+	}
+}
+
 // What is made another one is that alone, in an answer alone.
 func TestWithOneOther(t *testing.T) {
 	kept, d := Leading(4, 3, 2), Leading(4, 3, 2)

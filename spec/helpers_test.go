@@ -19,10 +19,12 @@ import (
 func named(name string, x api.Node) api.Rule { return api.Rule{Name: name, Body: x} }
 func bad(kind api.Errno, at int) api.Bad     { return api.Bad{Kind: kind, At: at} }
 
-// Short names for what most trees are made of.
+// Short names for what most trees and rules are made of.
 var (
 	a, b, c, e = sample.A, sample.B, sample.C, sample.Empty
 	of, rep    = sample.Of, sample.Rep
+
+	instead = sample.WithRule
 )
 
 // brief: the front of what something is written as.
@@ -193,13 +195,6 @@ func written(t *testing.T, l []api.Rule) string {
 		text += x.Name + ":" + body + "\n"
 	}
 	return text
-}
-
-// instead: the same rules, but one.
-func instead(l []api.Rule, place int, x api.Rule) []api.Rule {
-	l = slices.Clone(l)
-	l[place] = x
-	return l
 }
 
 // called: a name of n bytes that ends with a number's digits, for which it has room.

@@ -12,26 +12,6 @@ import (
 	"doublet/tree"
 )
 
-// roomy: the same rules, in lists that have room behind them, with a mark in it.
-func roomy(l []api.Rule) []api.Rule {
-	made := make([]api.Rule, len(l)+2)
-	for i, x := range l {
-		made[i] = named(x.Name, sample.Roomy([]api.Node{x.Body})[0])
-	}
-	made[len(l)] = named("x", a())
-	made[len(l)+1] = named("", api.Node{Kind: -3})
-	return made[:len(l)]
-}
-
-// dump writes all of rules, with the room behind their lists.
-func dump(l []api.Rule) string {
-	text := ""
-	for _, x := range l[:cap(l)] {
-		text += x.Name + ":" + sample.Dump([]api.Node{x.Body}) + "\n"
-	}
-	return text
-}
-
 // whatever: lists of rules, such as may be and others.
 func whatever(t *testing.T) [][]api.Rule {
 	next := sample.Chances()
@@ -47,15 +27,15 @@ func whatever(t *testing.T) [][]api.Rule {
 
 func TestP901ArgumentsStay(t *testing.T) {
 	for _, l := range whatever(t) {
-		some, others := roomy(l), roomy(l)
-		kept := dump(some)
+		some, others := sample.RoomyRules(l), sample.RoomyRules(l)
+		kept := sample.DumpRules(some)
 		Right(some)
 		Text(some)
 		if !Same(some, others) {
 			t.Errorf("rules are not the same as they are: %s", brief(l))
 		}
-		if dump(some) != kept || dump(others) != kept {
-			t.Errorf("%.300s became %.300s and %.300s", kept, dump(some), dump(others))
+		if sample.DumpRules(some) != kept || sample.DumpRules(others) != kept {
+			t.Errorf("%.300s became %.300s and %.300s", kept, sample.DumpRules(some), sample.DumpRules(others))
 		}
 		if Right(some) != Right(l) {
 			t.Errorf("Right(%s) hangs on the room behind", brief(l))
@@ -79,15 +59,6 @@ func TestP901ArgumentsStay(t *testing.T) {
 	}
 }
 
-// scribble writes over all that lies in lists of rules and of trees, and behind them.
-func scribble(l []api.Rule) {
-	l = l[:cap(l)]
-	for i := range l {
-		sample.Scribble([]api.Node{l[i].Body})
-		l[i] = named("scribbled", api.Node{Kind: 88})
-	}
-}
-
 func TestP901NewMemory(t *testing.T) {
 	for _, text := range []string{"x:a", "x:(a|b)*\ny:ab{2,3}\nz:", "x:ab\ny:ab\n", "#\nx_1:((a|b)c|)*\n\nname:[a-z][0-9]+\n", numberedText(64), "x:" + strings.Repeat("a", 1024) + "\ny:" + strings.Repeat("(a|", 64) + strings.Repeat(")", 64)} {
 		want, _ := model(text)
@@ -106,7 +77,7 @@ func TestP901NewMemory(t *testing.T) {
 			t.Errorf("the answers to %.60q became %s, %s", text, brief(first), brief(second))
 		}
 		written, _ := Text(first)
-		scribble(first)
+		sample.ScribbleRules(first)
 		if !alike(second, want) {
 			t.Errorf("the second answer to %.60q became %s", text, brief(second))
 		}
@@ -183,7 +154,7 @@ func TestP901WhateverIsHandedIn(t *testing.T) {
 		} else {
 			holdText(t, l, "", api.ErrKind)
 		}
-		if !Same(l, roomy(l)) {
+		if !Same(l, sample.RoomyRules(l)) {
 			t.Errorf("rules are not the same as they are: %s", brief(l))
 		}
 	}

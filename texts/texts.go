@@ -1,4 +1,4 @@
-// Package texts makes trees of texts, and texts of trees and machines, for the tests of packages above show; the program itself does not call it.
+// Package texts makes trees of texts, and texts of trees, rules and machines, for the tests of packages above show; the program itself does not call it.
 package texts
 
 import (
@@ -48,6 +48,15 @@ func Several(l []api.Node) string {
 		pieces = append(pieces, Brief(x))
 	}
 	return strconv.Itoa(len(l)) + " trees, " + Front(strings.Join(pieces, " and "))
+}
+
+// Rules: the front of what some rules are written as.
+func Rules(l []api.Rule) string {
+	var pieces []string
+	for _, rule := range l[:min(len(l), 5)] {
+		pieces = append(pieces, rule.Name[:min(len(rule.Name), api.MaxName+1)]+":"+Brief(rule.Body))
+	}
+	return strconv.Itoa(len(l)) + " rules, " + Front(strings.Join(pieces, " and "))
 }
 
 // Links: links as a text, 1>2 3>4.

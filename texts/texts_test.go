@@ -123,3 +123,17 @@ func TestSeveralAndFront(t *testing.T) {
 		t.Errorf("Front of 601 bytes is %q", got)
 	}
 }
+
+func TestRules(t *testing.T) {
+	l := []api.Rule{{Name: "x", Body: sample.A()}, {Name: "y_1", Body: Tree("b*|c")}, {Name: strings.Repeat("z", 1<<20), Body: sample.Beside(4, 4096, sample.A())}}
+	for n, want := range []string{"0 rules, ", "1 rules, x:a", "2 rules, x:a and y_1:b*|c"} {
+		if got := Rules(l[:n]); got != want {
+			t.Errorf("Rules is %q, want %q", got, want)
+		}
+	}
+	for _, some := range [][]api.Rule{l, slices.Repeat(l, 1000)} {
+		if got := Rules(some); len(got) > 650 || !strings.Contains(got, " and y_1:b*|c and zzz") {
+			t.Errorf("Rules is %q", got)
+		}
+	}
+}
