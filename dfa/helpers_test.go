@@ -22,6 +22,7 @@ var (
 	quiet, leading, called        = sample.Quiet, sample.Leading, sample.Called
 	withNext, withRow             = sample.WithNext, sample.WithRow
 	withLabel, withName, outsides = sample.WithLabel, sample.WithName, sample.Outside
+	spoilt, anyNumber             = sample.SpoiltDfa, sample.DfaNumber
 
 	front, exact = texts.Front, texts.Dfa
 )

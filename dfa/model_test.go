@@ -247,40 +247,6 @@ func holdLists(t *testing.T, m model, lists ...[]int) {
 	}
 }
 
-// anyNumber: a number at an edge of something, a state, or far off.
-func anyNumber(d api.Dfa, next func(most int) int) int {
-	states := len(d.Label)
-	l := append(outsides(states), 0, 1, 2, next(states+1), states-1, len(d.Names), len(d.Names)+1, d.Width-1, d.Width, d.Width+1, 255, 256, 65536)
-	return l[next(len(l))]
-}
-
-// spoilt: a machine with one thing made another one: it may be then, or not.
-func spoilt(d api.Dfa, next func(most int) int) api.Dfa {
-	s := next(len(d.Label))
-	switch next(9) {
-	case 0:
-		d.Of[next(256)] = uint8(next(256))
-	case 1:
-		d.Width = anyNumber(d, next)
-	case 2:
-		return withNext(d, s, next(d.Width), anyNumber(d, next))
-	case 3:
-		return withRow(d, s, make([]int, next(d.Width+3)))
-	case 4:
-		return withLabel(d, s, anyNumber(d, next))
-	case 5:
-		d.Next = append(slices.Clone(d.Next), d.Next[:next(2)]...)
-	case 6:
-		d.Label = append(slices.Clone(d.Label), d.Label[:next(2)]...)
-	case 7:
-		d.Names = append(slices.Clone(d.Names), called(api.MaxRules + 1)[next(api.MaxRules+1)])
-	case 8:
-		l := append(sample.WrongNames(), "right", "A", "Z_9")
-		d.Names = append([]string{l[next(len(l))]}, d.Names...)
-	}
-	return d
-}
-
 // anyLists: lists of states: such as Keep takes, such with one thing made another one, and whatever there is.
 func anyLists(d api.Dfa, next func(most int) int) [][]int {
 	reach, all := modelOf(d).reach(), upTo(0, len(d.Label))

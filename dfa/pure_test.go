@@ -157,20 +157,8 @@ func TestP2001RowsGrowAlone(t *testing.T) {
 		if !same(kept, want) || !same(trimmed, trim) {
 			t.Fatalf("once lists grew there are %s, want %s, and %s, want %s", brief(kept), brief(want), brief(trimmed), brief(trim))
 		}
-		// Each element has a place of its own.
-		met := map[*int]int{}
-		for _, x := range []api.Dfa{kept, trimmed, d} {
-			x = sample.StretchedDfa(x)
-			for _, row := range append(x.Next, x.Label) {
-				for c := range row {
-					met[&row[c]]++
-				}
-			}
-		}
-		for _, n := range met {
-			if n > 1 {
-				t.Fatalf("a place lies in two lists, of %s", brief(d))
-			}
+		if sample.SharedDfas(kept, trimmed, d) {
+			t.Fatalf("a place lies in two lists, of %s", brief(d))
 		}
 	}
 }
@@ -232,21 +220,10 @@ func TestP2001AtOnce(t *testing.T) {
 	t.Parallel()
 	next := sample.Chances()
 	var l []question
-	var told []answer
 	for range 400 {
-		q := anyQuestion(40, next)
-		l, told = append(l, q), append(told, asked(q))
+		l = append(l, anyQuestion(40, next))
 	}
-	sample.AtOnce(len(l), func(place int) {
-		if q := l[place]; !alike(asked(q), told[place]) {
-			t.Errorf("at once the answers on %s, %v and %q are others", brief(q.d), q.l, q.w)
-		}
-	})
-	for range 3 {
-		for place, q := range l {
-			if !alike(asked(q), told[place]) {
-				t.Fatalf("later the answers on %s, %v and %q are others", brief(q.d), q.l, q.w)
-			}
-		}
+	for _, place := range sample.Others(l, asked, alike) {
+		t.Errorf("at once, or later, the answers on %s, %v and %q are others", brief(l[place].d), l[place].l, l[place].w)
 	}
 }

@@ -112,6 +112,15 @@ func ClassWords(d api.Dfa, next func(most int) int) []string {
 	return l
 }
 
+// Behind: where a machine that may be is behind a word. Package dfa asks each time whether it may be, which takes long of many words.
+func Behind(d api.Dfa, w string) int {
+	s := 0
+	for i := range len(w) {
+		s = d.Next[s][d.Of[w[i]]]
+	}
+	return s
+}
+
 // WithRow: the same machine but for one row; all other rows lie in the same memory.
 func WithRow(d api.Dfa, s int, row []int) api.Dfa {
 	d.Next = slices.Clone(d.Next)

@@ -140,6 +140,22 @@ func TestClassWords(t *testing.T) {
 	}
 }
 
+func TestBehind(t *testing.T) {
+	next := Chances()
+	for i := range 200 {
+		d := AnyDfa(1+i%20, next)
+		for _, w := range ClassWords(d, next)[:10] {
+			if got := Behind(d, w); got != dfa.Run(d, []byte(w)) {
+				t.Errorf("Behind(%q) is %d", w, got)
+			}
+		}
+		w := AnyWord(300, Edgy, next)
+		if got := Behind(d, w); got != dfa.Run(d, []byte(w)) || Behind(d, "") != 0 {
+			t.Errorf("Behind(%q) is %d", w, got)
+		}
+	}
+}
+
 // What is made another one is that alone, in an answer alone.
 func TestWithOneOther(t *testing.T) {
 	kept, d := Leading(4, 3, 2), Leading(4, 3, 2)

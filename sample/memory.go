@@ -145,3 +145,29 @@ func ScribbleDfa(d api.Dfa) {
 		d.Names[place] = "scribbled"
 	}
 }
+
+// SharedLists: does a place in lists, or in the room behind them, lie in two of them?
+func SharedLists[T any](l ...[]T) bool {
+	met := map[*T]int{}
+	for _, list := range l {
+		list = list[:cap(list)]
+		for i := range list {
+			if met[&list[i]]++; met[&list[i]] > 1 {
+				return true
+			}
+		}
+	}
+	return false
+}
+
+// SharedDfas: does one in machines' lists and rows?
+func SharedDfas(l ...api.Dfa) bool {
+	var rows [][][]int
+	var numbers [][]int
+	var names [][]string
+	for _, d := range l {
+		rows, names = append(rows, d.Next), append(names, d.Names)
+		numbers = append(append(numbers, d.Next[:cap(d.Next)]...), d.Label)
+	}
+	return SharedLists(rows...) || SharedLists(numbers...) || SharedLists(names...)
+}

@@ -26,3 +26,28 @@ func AtOnce(n int, check func(place int)) {
 	}
 	all.Wait()
 }
+
+// Others asks some questions, then all of them many times at once, and again one after another; it tells the places of those that were ever answered otherwise than at first.
+func Others[Q, A any](l []Q, ask func(q Q) A, alike func(x, y A) bool) []int {
+	var first []A
+	for _, q := range l {
+		first = append(first, ask(q))
+	}
+	var lock sync.Mutex
+	other := make([]bool, len(l))
+	check := func(place int) {
+		if !alike(ask(l[place]), first[place]) {
+			lock.Lock()
+			defer lock.Unlock()
+			other[place] = true
+		}
+	}
+	AtOnce(len(l), check)
+	var places []int
+	for place := range l {
+		if check(place); other[place] {
+			places = append(places, place)
+		}
+	}
+	return places
+}

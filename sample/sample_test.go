@@ -51,6 +51,35 @@ func TestAtOnce(t *testing.T) {
 	AtOnce(0, func(place int) { t.Errorf("the place %d was checked", place) })
 }
 
+// Answers that are others at once, once all was asked at once, or never.
+func TestOthers(t *testing.T) {
+	const count = 100
+	same := func(x, y int64) bool { return x == y }
+	for _, r := range []struct{ from, upto int64 }{{0, 1}, {1, 2}, {4, 5}, {8, 9}, {9, 10}, {10, 99}, {3, 99}} {
+		var met [count]atomic.Int64
+		var l, want []int
+		for place := range count {
+			l = append(l, place)
+			if place%7 == 2 && r.from < 10 {
+				want = append(want, place)
+			}
+		}
+		got := Others(l, func(place int) int64 {
+			times := met[place].Add(1) - 1
+			if place%7 == 2 && times >= r.from && times < r.upto {
+				return -1
+			}
+			return 0
+		}, same)
+		if !slices.Equal(got, want) {
+			t.Errorf("Others, of answers that are others from %d to %d, are %v, want %v", r.from, r.upto, got, want)
+		}
+	}
+	if got := Others(nil, func(int) int64 { return 0 }, same); len(got) > 0 {
+		t.Errorf("Others of nothing are %v", got)
+	}
+}
+
 func TestTreesOfASize(t *testing.T) {
 	next := Chances()
 	for _, n := range []int{1, 2, 3, 4, 5, 12, 13, 100, 1001, 4096, 4097} {

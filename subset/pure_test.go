@@ -151,13 +151,6 @@ func TestP2101ListsGrowAlone(t *testing.T) {
 			_ = append(subset, 77, 78)
 		}
 		_ = append(x.sets, ints(79))
-		met := map[*int]int{}
-		for _, subset := range x.sets {
-			subset = subset[:cap(subset)]
-			for place := range subset {
-				met[&subset[place]]++
-			}
-		}
 		for _, d := range []api.Dfa{x.of, x.rules} {
 			for _, row := range d.Next {
 				_ = append(row, 77, 78)
@@ -165,17 +158,9 @@ func TestP2101ListsGrowAlone(t *testing.T) {
 			_ = append(append(d.Next, ints(79)), ints(80))
 			_ = append(d.Label, 77, 78)
 			_ = append(d.Names, "other", "others")
-			d = sample.StretchedDfa(d)
-			for _, list := range append(d.Next, d.Label) {
-				for place := range list {
-					met[&list[place]]++
-				}
-			}
 		}
-		for _, times := range met {
-			if times > 1 {
-				t.Fatalf("a place lies in two lists, of %s", q)
-			}
+		if sample.SharedLists(slices.Concat(x.sets, x.of.Next, x.rules.Next)...) || sample.SharedDfas(x.of, x.rules) {
+			t.Fatalf("a place lies in two lists, of %s", q)
 		}
 		if !alike(x, want) {
 			t.Fatalf("once lists grew there is of %s\n%s, want\n%s", q, x, want)
@@ -236,22 +221,11 @@ func TestP2101AtOnce(t *testing.T) {
 	t.Parallel()
 	next := sample.Chances()
 	var l []question
-	var told []answer
 	for range 300 {
-		q := anyQuestion(12, next)
-		l, told = append(l, q), append(told, asked(q))
+		l = append(l, anyQuestion(12, next))
 	}
-	sample.AtOnce(len(l), func(place int) {
-		if got := asked(l[place]); !alike(got, told[place]) {
-			t.Errorf("at once is told of %s\n%s, want\n%s", l[place], got, told[place])
-		}
-	})
-	for range 3 {
-		for place, q := range l {
-			if got := asked(q); !alike(got, told[place]) {
-				t.Fatalf("later is told of %s\n%s, want\n%s", q, got, told[place])
-			}
-		}
+	for _, place := range sample.Others(l, asked, alike) {
+		t.Errorf("at once, or later, another answer is told of %s", l[place])
 	}
 }
 

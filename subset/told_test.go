@@ -14,13 +14,7 @@ import (
 )
 
 // tell: the label that a machine which may be tells of a word.
-func tell(d api.Dfa, w string) int {
-	state := 0
-	for i := range len(w) {
-		state = d.Next[state][d.Of[w[i]]]
-	}
-	return d.Label[state]
-}
+func tell(d api.Dfa, w string) int { return d.Label[sample.Behind(d, w)] }
 
 // holdTold: what Of makes of a machine tells of words what the machine tells. It tells how often each label was told.
 func holdTold(t *testing.T, n api.Nfa, d api.Dfa, words []string) map[int]int {
