@@ -27,6 +27,7 @@ var (
 	linked, edge         = sample.Linked, sample.Edge
 	shown, front         = texts.Machine, texts.Front
 	read, several        = texts.Tree, texts.Several
+	upTo                 = sample.UpTo
 )
 
 // at: a machine that may be, at work.
@@ -67,30 +68,11 @@ func holdList(t *testing.T, got, want []int, what string, about ...any) {
 	}
 }
 
-// upTo: the numbers from lo, below hi.
-func upTo(lo, hi int) []int {
-	var l []int
-	for i := lo; i < hi; i++ {
-		l = append(l, i)
-	}
-	return l
-}
-
 // union: what is in one of some lists, rising, each once.
 func union(l ...[]int) []int {
 	all := slices.Concat(l...)
 	slices.Sort(all)
 	return slices.Compact(all)
-}
-
-// shuffled: a list's elements in another order.
-func shuffled[T any](l []T, next func(most int) int) []T {
-	l = slices.Clone(l)
-	for i := range l {
-		j := next(i + 1)
-		l[i], l[j] = l[j], l[i]
-	}
-	return l
 }
 
 // anyList: numbers of which most are states, in any order, some of them several times.
@@ -106,7 +88,7 @@ func anyList(states int, next func(most int) int) []int {
 		some := outsides(states)
 		l = append(l, some[next(len(some))], some[next(len(some))])
 	}
-	return shuffled(l, next)
+	return sample.Shuffled(l, next)
 }
 
 // machineOf: the machine of trees; one without states, if there is none.

@@ -69,10 +69,10 @@ func TestP1702ClosureInAnyOrder(t *testing.T) {
 		l := anyList(n.States, next)
 		want := at(t, n).Closure(l)
 		x := n
-		x.Links = shuffled(append(slices.Clone(n.Links), n.Links[:len(n.Links)/2]...), next)
+		x.Links = sample.Shuffled(append(slices.Clone(n.Links), n.Links[:len(n.Links)/2]...), next)
 		m := at(t, x)
 		holdList(t, m.Closure(l), want, "of %s Closure(%v)", front(shown(x)), l)
-		holdList(t, m.Closure(shuffled(append(l, l...), next)), want, "of %s Closure(%v, twice)", front(shown(x)), l)
+		holdList(t, m.Closure(sample.Shuffled(append(l, l...), next)), want, "of %s Closure(%v, twice)", front(shown(x)), l)
 		slices.Reverse(x.Links)
 		holdList(t, at(t, x).Closure(l), want, "of %s Closure(%v)", front(shown(x)), l)
 		// Edges and labels say nothing, either.

@@ -9,19 +9,6 @@ import (
 	"doublet/sample"
 )
 
-// roomy: a list with room behind it, and marks in it.
-func roomy(l []int) []int {
-	return append(append(make([]int, 0, len(l)+20), l...), 1, 0, 2, -9, 1)[:len(l)]
-}
-
-// scribble writes over a list, and the room behind it.
-func scribble(l []int) {
-	room := l[:cap(l)]
-	for i := range room {
-		room[i] = -7
-	}
-}
-
 // What is handed in stays as it is, and so does the room behind it; the room says nothing.
 func TestP1701ArgumentsStay(t *testing.T) {
 	next := sample.Chances()
@@ -32,7 +19,7 @@ func TestP1701ArgumentsStay(t *testing.T) {
 		m, plain := at(t, given), at(t, n)
 		for range 3 {
 			l := anyList(n.States, next)
-			list, w := roomy(l), sample.RoomyText(sample.AnyWord(next(5), "ab", next))
+			list, w := sample.RoomyList(l, 1, 0, 2, -9, 1), sample.RoomyText(sample.AnyWord(next(5), "ab", next))
 			room, text := slices.Clone(list[:cap(list)]), slices.Clone(w[:cap(w)])
 			b := sample.Edgy[next(len(sample.Edgy))]
 			holdList(t, m.Closure(list), plain.Closure(l), "of %s Closure(%v) with room behind", shown(n), l)
@@ -73,7 +60,7 @@ func TestP1701NewMemory(t *testing.T) {
 			want = append(want, slices.Clone(some))
 		}
 		for _, some := range first {
-			scribble(some)
+			sample.ScribbleList(some, -7)
 		}
 		for i, some := range second {
 			holdList(t, some, want[i], "of %s the answer %d, once others were written over,", shown(n), i)
@@ -82,7 +69,7 @@ func TestP1701NewMemory(t *testing.T) {
 		for i, some := range answers(m, l) {
 			holdList(t, some, want[i], "of %s a later answer %d", shown(n), i)
 		}
-		scribble(l)
+		sample.ScribbleList(l, -7)
 		for i, some := range second {
 			holdList(t, some, want[i], "of %s the answer %d, once what was handed in was written over,", shown(n), i)
 		}

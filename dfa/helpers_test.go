@@ -25,6 +25,7 @@ var (
 	spoilt, anyNumber             = sample.SpoiltDfa, sample.DfaNumber
 
 	front, exact = texts.Front, texts.Dfa
+	upTo         = sample.UpTo
 )
 
 // brief and many are a machine, and numbers, of which a text is made where one is asked for alone.
@@ -61,15 +62,6 @@ func labels(d api.Dfa, states ...int) api.Dfa {
 		d.Label[s] = 1
 	}
 	return d
-}
-
-// upTo: the numbers from lo, below hi.
-func upTo(lo, hi int) []int {
-	var l []int
-	for i := lo; i < hi; i++ {
-		l = append(l, i)
-	}
-	return l
 }
 
 // backTo: the numbers below hi, falling to lo.

@@ -358,27 +358,14 @@ func TestModelledSmall(t *testing.T) {
 	}
 }
 
-// eachSmall visits all machines of one, two and three states, of one and two classes, with a label or none at each state.
+// eachSmall visits all machines of one, two and three states, of one class, and of two, of which b has one, with a label or none at each state.
 func eachSmall(visit func(d api.Dfa)) {
 	for states := 1; states <= 3; states++ {
 		for width := 1; width <= 2; width++ {
-			codes := 1
-			for range states * width {
-				codes *= states
-			}
-			for code := range codes << states {
-				d := made("b"[:width-1], make([]int, states), make([][]int, states)...)
-				d.Names = called(1)
-				rest := code >> states
-				for s := range states {
-					d.Label[s] = code >> s & 1
-					for range width {
-						d.Next[s] = append(d.Next[s], rest%states)
-						rest /= states
-					}
-				}
+			sample.EachDfa(states, width, 1, func(d api.Dfa) {
+				d.Of = [256]uint8{'b': uint8(width - 1)}
 				visit(d)
-			}
+			})
 		}
 	}
 }

@@ -9,18 +9,8 @@ import (
 	"doublet/sample"
 )
 
-// roomy: a list with room behind it, and marks in it that are states of most machines.
-func roomy(l []int) []int {
-	return append(append(make([]int, 0, len(l)+20), l...), 1, 0, 2, -9, 1)[:len(l)]
-}
-
 // scribble writes over a list, and the room behind it.
-func scribble(l []int) {
-	room := l[:cap(l)]
-	for i := range room {
-		room[i] = 1
-	}
-}
+func scribble(l []int) { sample.ScribbleList(l, 1) }
 
 // answer: all that is told of a machine, and a word, a state, a byte and a list.
 type answer struct {
@@ -66,9 +56,9 @@ func anyQuestion(states int, next func(most int) int) question {
 	return question{d: d, other: copied(d), s: anyNumber(d, next), b: byte(next(256)), w: []byte(sample.AnyWord(next(9), sample.Edgy, next)), l: lists[next(len(lists))]}
 }
 
-// inRoom: the same question, all of whose lists have room behind them, with marks in it.
+// inRoom: the same question, all of whose lists have room behind them, with marks in it; behind the last one these are states of most machines.
 func inRoom(q question) question {
-	return question{sample.RoomyDfa(q.d), sample.RoomyDfa(q.other), q.s, q.b, sample.RoomyText(string(q.w)), roomy(q.l)}
+	return question{sample.RoomyDfa(q.d), sample.RoomyDfa(q.other), q.s, q.b, sample.RoomyText(string(q.w)), sample.RoomyList(q.l, 1, 0, 2, -9, 1)}
 }
 
 // What is handed in stays as it is, and so does the room behind it; the room says nothing.
@@ -77,10 +67,10 @@ func TestP2001ArgumentsStay(t *testing.T) {
 	next := sample.Chances()
 	for range 3000 {
 		q := anyQuestion(12, next)
-		want := asked(q)
 		given := inRoom(q)
 		d, other := exact(sample.StretchedDfa(given.d)), exact(sample.StretchedDfa(given.other))
 		w, l := slices.Clone(given.w[:cap(given.w)]), slices.Clone(given.l[:cap(given.l)])
+		want := asked(q)
 		if got := asked(given); !alike(got, want) {
 			t.Errorf("with room behind of %s, %v and %q is told\n%v, and without\n%v", brief(q.d), q.l, q.w, got, want)
 		}

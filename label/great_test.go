@@ -7,6 +7,7 @@ import (
 
 	"doublet/api"
 	"doublet/dfa"
+	"doublet/sample"
 )
 
 // As many states, classes and names as there may be.
@@ -17,7 +18,7 @@ func TestGreatMachine(t *testing.T) {
 	holdUsed(t, d, names...)
 	holdNames(t, d, d.Names, d)
 
-	back := turned(d.Names)
+	back := sample.Turned(d.Names)
 	want := with(d, back, slices.Clone(d.Label)...)
 	for s, label := range d.Label {
 		if label > 0 {

@@ -16,10 +16,11 @@ const most = api.MaxStates
 
 // Short names for what most machines are made of.
 var (
-	quiet, leading, called                 = sample.Quiet, sample.Leading, sample.Called
+	quiet, leading, called, rows           = sample.Quiet, sample.Leading, sample.Called, sample.Rows
 	withNext, withRow, withLabel, withName = sample.WithNext, sample.WithRow, sample.WithLabel, sample.WithName
 
 	front, split = texts.Front, strings.Fields
+	upTo         = sample.UpTo
 )
 
 // brief and quoted are a machine, and texts, of which a text is made where one is asked for alone.
@@ -47,32 +48,6 @@ func ring(names string, labels ...int) api.Dfa {
 func with(d api.Dfa, names []string, labels ...int) api.Dfa {
 	d.Names, d.Label = names, labels
 	return d
-}
-
-// upTo: the numbers from lo, below hi.
-func upTo(lo, hi int) []int {
-	var l []int
-	for i := lo; i < hi; i++ {
-		l = append(l, i)
-	}
-	return l
-}
-
-// turned: a list the other way round.
-func turned[T any](l []T) []T {
-	l = slices.Clone(l)
-	slices.Reverse(l)
-	return l
-}
-
-// shuffled: a list in another order.
-func shuffled[T any](l []T, next func(most int) int) []T {
-	l = slices.Clone(l)
-	for i := len(l) - 1; i > 0; i-- {
-		j := next(i + 1)
-		l[i], l[j] = l[j], l[i]
-	}
-	return l
 }
 
 // holdTexts: a call tells just these texts, in this order.

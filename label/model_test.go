@@ -160,18 +160,15 @@ func holdModelled(t *testing.T, d api.Dfa, lists [][]string, names []string) map
 	return met
 }
 
-// oneOf: one of some.
-func oneOf[T any](l []T, next func(most int) int) T { return l[next(len(l))] }
-
 // wrongNames: made once, for one is long.
 var wrongNames = sample.WrongNames()
 
 // anyName: a name of a machine, another one, or none at all.
 func anyName(d api.Dfa, next func(most int) int) string {
 	if len(d.Names) > 0 && next(2) == 0 {
-		return oneOf(d.Names, next)
+		return sample.OneOf(d.Names, next)
 	}
-	return oneOf([][]string{wrongNames, split(rising), called(api.MaxRules)}[next(3)], next)
+	return sample.OneOf([][]string{wrongNames, split(rising), called(api.MaxRules)}[next(3)], next)
 }
 
 // anyNames: the names of a machine, or those that are Used, as they are, in another order, with one more, with one less, or with one made another one; or whatever there is.
@@ -181,14 +178,14 @@ func anyNames(d api.Dfa, next func(most int) int) []string {
 		l = modelUsed(d)
 	}
 	if next(2) == 0 {
-		l = shuffled(l, next)
+		l = sample.Shuffled(l, next)
 	}
 	at := next(len(l) + 1)
 	switch next(7) {
 	case 0:
 		l = slices.Insert(l, at, anyName(d, next))
 	case 1:
-		l = slices.Insert(l, at, oneOf(split(rising), next))
+		l = slices.Insert(l, at, sample.OneOf(split(rising), next))
 	case 2:
 		if at < len(l) {
 			l = slices.Delete(l, at, at+1)
@@ -210,15 +207,6 @@ func anyNames(d api.Dfa, next func(most int) int) []string {
 	return l
 }
 
-// many: some of what chance makes.
-func many[T any](n int, make func() T) []T {
-	var l []T
-	for range n {
-		l = append(l, make())
-	}
-	return l
-}
-
 // Random machines, that may be and that may not.
 func TestModelledRandom(t *testing.T) {
 	t.Parallel()
@@ -233,8 +221,8 @@ func TestModelledRandom(t *testing.T) {
 		if i%4 == 0 {
 			d = sample.SpoiltDfa(d, next)
 		}
-		lists := many(6, func() []string { return anyNames(d, next) })
-		names := many(4, func() string { return anyName(d, next) })
+		lists := sample.Many(6, func() []string { return anyNames(d, next) })
+		names := sample.Many(4, func() string { return anyName(d, next) })
 		for wrong, times := range holdModelled(t, d, lists, names) {
 			met[wrong] += times
 		}
@@ -283,30 +271,10 @@ func TestModelledSmall(t *testing.T) {
 // eachSmall visits all such machines.
 func eachSmall(visit func(d api.Dfa)) {
 	for _, size := range [][2]int{{1, 1}, {1, 2}, {2, 1}, {2, 2}, {3, 1}} {
-		states, width := size[0], size[1]
-		codes := 1
-		for range states {
-			codes *= 3
-		}
-		for range states * width {
-			codes *= states
-		}
-		for code := range codes {
-			digit := func(base int) int {
-				n := code % base
-				code /= base
-				return n
-			}
-			d := quiet(states, width)
+		sample.EachDfa(size[0], size[1], 2, func(d api.Dfa) {
 			d.Names = split("b a")
-			for s, row := range d.Next {
-				d.Label[s] = digit(3)
-				for class := range row {
-					row[class] = digit(states)
-				}
-			}
 			visit(d)
-		}
+		})
 	}
 }
 
@@ -316,8 +284,8 @@ func TestModelledUnion(t *testing.T) {
 	next := sample.Chances()
 	for i := range 3000 {
 		bytes := []string{"ab", "aA_0", "\x00a\xff", sample.Edgy}[i%4]
-		lists := many(next(6), func() []string {
-			return many(next(8), func() string { return sample.AnyWord(next(4), bytes, next) })
+		lists := sample.Many(next(6), func() []string {
+			return sample.Many(next(8), func() string { return sample.AnyWord(next(4), bytes, next) })
 		})
 		holdUnion(t, modelUnion(lists...), lists...)
 	}

@@ -53,7 +53,7 @@ func TestP2203NamesAllElse(t *testing.T) {
 			d.Label[s] = (s + many) % (many + 1)
 		}
 		for _, other := range []int{many, many + 1, api.MaxRules} {
-			l := shuffled(called(min(other, api.MaxRules)), next)
+			l := sample.Shuffled(called(min(other, api.MaxRules)), next)
 			want := with(d, l, make([]int, 70)...)
 			for s, label := range d.Label {
 				if label > 0 {
@@ -94,14 +94,14 @@ func TestP2203NamesMaxRules(t *testing.T) {
 	d.Names = called(api.MaxRules)
 	holdNames(t, d, d.Names, d)
 	want := d
-	want.Names, want.Label = turned(d.Names), append([]int{0}, turned(d.Label[1:])...)
+	want.Names, want.Label = sample.Turned(d.Names), append([]int{0}, sample.Turned(d.Label[1:])...)
 	holdNames(t, d, want.Names, want)
 	one := ring("n5", 1, 0)
 	holdNames(t, one, d.Names, with(one, d.Names, 6, 0))
 	for _, x := range []api.Dfa{d, one, ring("", 0), quiet(3, 2)} {
 		for _, many := range []int{api.MaxRules + 1, api.MaxRules + 2, 128, 256, 1 << 16} {
 			holdNamesError(t, x, called(many), api.ErrArg)
-			holdNamesError(t, x, turned(called(many)), api.ErrArg)
+			holdNamesError(t, x, sample.Turned(called(many)), api.ErrArg)
 		}
 		holdNamesError(t, x, slices.Repeat([]string{"n5"}, 1<<20), api.ErrArg)
 	}
@@ -188,9 +188,9 @@ func TestP2203NormMany(t *testing.T) {
 	next := sample.Chances()
 	all := split(rising)
 	for i := range 300 {
-		l := shuffled(all, next)[:1+next(api.MaxRules)]
+		l := sample.Shuffled(all, next)[:1+next(api.MaxRules)]
 		if i < 10 {
-			l = shuffled(all, next)
+			l = sample.Shuffled(all, next)
 		}
 		d := ring("", upTo(0, len(l)+1)...)
 		d.Names = l
@@ -203,7 +203,7 @@ func TestP2203NormMany(t *testing.T) {
 			t.Errorf("of all names Norm has %q", want.Names)
 		}
 		// The names' order changes nothing.
-		x, wrong := Names(d, shuffled(d.Names, next))
+		x, wrong := Names(d, sample.Shuffled(d.Names, next))
 		if wrong != api.OK {
 			t.Errorf("Names tells %d, of %s", wrong, brief(d))
 		}

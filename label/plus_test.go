@@ -9,13 +9,6 @@ import (
 	"doublet/sample"
 )
 
-// rows: a machine with these names and labels, and rows.
-func rows(names string, labels []int, l ...[]int) api.Dfa {
-	d := quiet(len(labels), len(l[0]))
-	d.Names, d.Label, d.Next = split(names), labels, l
-	return d
-}
-
 func ints(l ...int) []int { return l }
 
 func TestP2204PlusWrittenOut(t *testing.T) {

@@ -60,14 +60,14 @@ func anyQuestion(states int, next func(most int) int) question {
 		q.d = sample.SpoiltDfa(q.d, next)
 	}
 	q.names, q.name = anyNames(q.d, next), anyName(q.d, next)
-	q.lists = many(next(5), func() []string {
-		return many(next(5), func() string { return sample.AnyWord(next(3), "ab\x00\xff", next) })
+	q.lists = sample.Many(next(5), func() []string {
+		return sample.Many(next(5), func() string { return sample.AnyWord(next(3), "ab\x00\xff", next) })
 	})
 	return q
 }
 
 // roomy: a list with room behind it, and marks in it.
-func roomy(l []string) []string { return append(slices.Clone(l), "mark", "9", "mark")[:len(l)] }
+func roomy(l []string) []string { return sample.RoomyList(l, "mark", "9", "mark") }
 
 // inRoom: the same question, all of whose lists have room behind them, with marks in it.
 func inRoom(q question) question {
@@ -75,28 +75,21 @@ func inRoom(q question) question {
 	for _, l := range q.lists {
 		lists = append(lists, roomy(l))
 	}
-	lists = append(lists, []string{"another"}, nil)[:len(q.lists)]
+	lists = sample.RoomyList(lists, []string{"another"}, nil)
 	return question{sample.RoomyDfa(q.d), lists, roomy(q.names), q.name}
 }
 
-// stretched: a list with the room behind it.
-func stretched[T any](l []T) []T { return l[:cap(l)] }
-
 // given: all that was handed in, with the room behind it, as a text.
 func given(q question) string {
-	text := fmt.Sprint(texts.Dfa(sample.StretchedDfa(q.d)), stretched(q.names))
-	for _, l := range stretched(q.lists) {
-		text += fmt.Sprintf("; %q", stretched(l))
+	text := fmt.Sprint(texts.Dfa(sample.StretchedDfa(q.d)), sample.StretchedList(q.names))
+	for _, l := range sample.StretchedList(q.lists) {
+		text += fmt.Sprintf("; %q", sample.StretchedList(l))
 	}
 	return text
 }
 
 // scribble writes over texts, and the room behind them.
-func scribble(l []string) {
-	for i := range stretched(l) {
-		stretched(l)[i] = "scribbled"
-	}
-}
+func scribble(l []string) { sample.ScribbleList(l, "scribbled") }
 
 // What is handed in stays as it is, and so does the room behind it, which says nothing; what is told shares nothing with it, nor with another answer.
 func TestP2201Memory(t *testing.T) {
@@ -105,9 +98,9 @@ func TestP2201Memory(t *testing.T) {
 	errors := map[api.Errno]int{}
 	for range 3000 {
 		q := anyQuestion(10, next)
-		want := asked(q)
 		r := inRoom(q)
 		kept := given(r)
+		want := asked(q)
 		first, second := asked(r), asked(r)
 		hold := func(when string, x answer) {
 			t.Helper()
@@ -132,9 +125,9 @@ func TestP2201Memory(t *testing.T) {
 		hold("once an answer was written over, later", asked(r))
 		sample.ScribbleDfa(r.d)
 		scribble(r.names)
-		for i, l := range stretched(r.lists) {
+		for i, l := range sample.StretchedList(r.lists) {
 			scribble(l)
-			stretched(r.lists)[i] = []string{"scribbled"}
+			sample.StretchedList(r.lists)[i] = []string{"scribbled"}
 		}
 		hold("once what was handed in was written over, by an earlier call", second)
 		hold("later", asked(q))
@@ -155,7 +148,7 @@ func TestP2201ListsGrowAlone(t *testing.T) {
 		q := inRoom(anyQuestion(10, next))
 		x, again, want := asked(q), asked(q), asked(q)
 		machines := []api.Dfa{q.d}
-		lists := append(slices.Clone(stretched(q.lists)), q.names, q.d.Names)
+		lists := append(slices.Clone(sample.StretchedList(q.lists)), q.names, q.d.Names)
 		for _, some := range []answer{x, again} {
 			lists = append(lists, some.used, some.union)
 			for _, m := range some.machines() {
@@ -279,7 +272,7 @@ func TestP2201MayNotBe(t *testing.T) {
 func TestP2201AtOnce(t *testing.T) {
 	t.Parallel()
 	next := sample.Chances()
-	l := many(400, func() question { return anyQuestion(40, next) })
+	l := sample.Many(400, func() question { return anyQuestion(40, next) })
 	for _, place := range sample.Others(l, asked, alike) {
 		t.Errorf("at once, or later, another answer is told of %s", l[place])
 	}
@@ -294,9 +287,9 @@ func TestP2201WhateverIsHandedIn(t *testing.T) {
 		if next(2) == 0 {
 			return next(3)
 		}
-		return oneOf(numbers, next)
+		return sample.OneOf(numbers, next)
 	}
-	text := func() string { return oneOf([]string{"a", "b", "C", "d_9", "", "9", "a b", "\x00"}, next) }
+	text := func() string { return sample.OneOf([]string{"a", "b", "C", "d_9", "", "9", "a b", "\x00"}, next) }
 	met := map[api.Errno]int{}
 	for range 10000 {
 		d := sample.AnyDfa(1+next(3), next)
@@ -304,13 +297,13 @@ func TestP2201WhateverIsHandedIn(t *testing.T) {
 		case 0:
 			d.Width = some()
 		case 1:
-			d.Label = many(next(4), some)
+			d.Label = sample.Many(next(4), some)
 		case 2:
-			d.Next = many(next(4), func() []int { return many(next(4), some) })
+			d.Next = sample.Many(next(4), func() []int { return sample.Many(next(4), some) })
 		case 3:
-			d.Names = many(next(4), text)
+			d.Names = sample.Many(next(4), text)
 		}
-		lists := many(3, func() []string { return many(next(4), text) })
+		lists := sample.Many(3, func() []string { return sample.Many(next(4), text) })
 		for wrong, times := range holdModelled(t, d, lists, []string{text(), text()}) {
 			met[wrong] += times
 		}

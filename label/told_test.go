@@ -132,7 +132,7 @@ func TestP2205RandomMachines(t *testing.T) {
 				d.Label[s] = next(len(d.Names) + 1)
 			}
 		}
-		l := shuffled(modelUsed(d), next)
+		l := sample.Shuffled(modelUsed(d), next)
 		for _, name := range []string{"more", "d9", "e_"} {
 			if len(l) < api.MaxRules && next(2) == 0 {
 				l = slices.Insert(l, next(len(l)+1), name)
@@ -140,7 +140,7 @@ func TestP2205RandomMachines(t *testing.T) {
 		}
 		name := "more"
 		if len(d.Names) > 0 {
-			name = oneOf(d.Names, next)
+			name = sample.OneOf(d.Names, next)
 		}
 		for told, times := range holdTold(t, d, l, name, sample.ClassWords(d, next)) {
 			met[told == ""] += times
@@ -170,7 +170,7 @@ func TestP2205LongWords(t *testing.T) {
 			if len(d.Names) > 0 {
 				name = d.Names[len(d.Names)/2]
 			}
-			holdTold(t, d, turned(d.Names), name, append(words, ""))
+			holdTold(t, d, sample.Turned(d.Names), name, append(words, ""))
 		}
 	}
 }

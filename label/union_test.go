@@ -41,12 +41,12 @@ func TestP2202UnionWrittenOut(t *testing.T) {
 			[][]string{{"\xff\xff", "é", "a b", "", "\x80", "\x7f"}, {"\xff\x00", "\xff", "\xfe", "\xc3", "{", "aa", "a:b", "a ", "a", "`"}, {"_", "[", "A", "9a", "9", "#", " a", " ", "\n", "\x00a", "\x00\x00", "\x00", ""}}},
 	} {
 		holdUnion(t, r.want, r.lists...)
-		holdUnion(t, r.want, turned(r.lists)...)
-		holdUnion(t, r.want, append(turned(r.lists), r.lists...)...)
+		holdUnion(t, r.want, sample.Turned(r.lists)...)
+		holdUnion(t, r.want, append(sample.Turned(r.lists), r.lists...)...)
 		holdUnion(t, r.want, append(r.lists, Union(r.lists...))...)
 		var all []string
 		for _, l := range r.lists {
-			all = append(all, turned(l)...)
+			all = append(all, sample.Turned(l)...)
 		}
 		holdUnion(t, r.want, all)
 	}
@@ -68,8 +68,8 @@ func TestP2202UnionBytes(t *testing.T) {
 		}
 	}
 	for range 30 {
-		holdUnion(t, one, shuffled(one, next))
-		mixed := shuffled(both, next)
+		holdUnion(t, one, sample.Shuffled(one, next))
+		mixed := sample.Shuffled(both, next)
 		holdUnion(t, both, mixed[:100], mixed[50:900], nil, mixed[900:], mixed[:1])
 	}
 }
@@ -81,7 +81,7 @@ func TestP2202UnionOrders(t *testing.T) {
 	all := split(rising)
 	for range 2000 {
 		lists := make([][]string, 1+next(6))
-		for _, name := range shuffled(all, next) {
+		for _, name := range sample.Shuffled(all, next) {
 			for range 1 + next(2) {
 				at := next(len(lists))
 				lists[at] = append(lists[at], name)
@@ -103,9 +103,9 @@ func TestP2202UnionMany(t *testing.T) {
 		for i := range many {
 			want = append(want, strconv.Itoa(1000000+i))
 		}
-		mixed := shuffled(want, next)
+		mixed := sample.Shuffled(want, next)
 		holdUnion(t, want, mixed)
-		holdUnion(t, want, mixed, want, turned(want))
+		holdUnion(t, want, mixed, want, sample.Turned(want))
 		holdUnion(t, want, slices.Collect(slices.Chunk(mixed, 1))...)
 		holdUnion(t, want, append(slices.Collect(slices.Chunk(mixed, 7)), slices.Collect(slices.Chunk(want, 3))...)...)
 	}
@@ -115,5 +115,5 @@ func TestP2202UnionMany(t *testing.T) {
 	holdUnion(t, split("a"), slices.Repeat([]string{"a"}, 1000000))
 	front := strings.Repeat("a", 1<<20)
 	want := []string{front, front + "\x00", front + "a", front + "b"}
-	holdUnion(t, want, turned(want), want[1:], want[:2])
+	holdUnion(t, want, sample.Turned(want), want[1:], want[:2])
 }

@@ -54,7 +54,7 @@ func TestP2202UsedEachName(t *testing.T) {
 		t.Fatalf("the names are %q", all)
 	}
 	for range 20 {
-		l := shuffled(all, next)
+		l := sample.Shuffled(all, next)
 		d := ring("", upTo(0, len(l)+1)...)
 		d.Names = l
 		holdUsed(t, d, all...)

@@ -11,18 +11,7 @@ import (
 )
 
 // roomy: a list with room behind it, and sets in it that would tell bytes apart.
-func roomy(l []api.Set) []api.Set {
-	made := make([]api.Set, 0, len(l)+80)
-	return append(append(made, l...), singles()[:80]...)[:len(l)]
-}
-
-// scribble writes over all of a list, and the room behind it.
-func scribble[T any](l []T, with T) {
-	room := l[:cap(l)]
-	for i := range room {
-		room[i] = with
-	}
-}
+func roomy(l []api.Set) []api.Set { return sample.RoomyList(l, singles()[:80]...) }
 
 // Sets that are handed in stay as they are, and so does the room behind them, which says nothing; what is told stays when they are written over.
 func TestP1901ArgumentsStay(t *testing.T) {
@@ -37,7 +26,7 @@ func TestP1901ArgumentsStay(t *testing.T) {
 		if !slices.Equal(given[:cap(given)], kept) {
 			t.Errorf("what was handed in became %s, and was %s", shownSets(given[:cap(given)]), shownSets(kept))
 		}
-		scribble(given, sets.Of('#'))
+		sample.ScribbleList(given, sets.Of('#'))
 		holdClasses(t, got, n, want, width, "once what was handed in was written over, Of(%s)", shownSets(l))
 		got, n = Of(l)
 		holdClasses(t, got, n, want, width, "later Of(%s)", shownSets(l))
@@ -68,8 +57,8 @@ func TestP1901NewMemory(t *testing.T) {
 		first, second := Sets(of), Sets(of)
 		one, other := Leasts(of), Leasts(of)
 		want, leasts := modelSets(of), modelLeasts(of)
-		scribble(first, sets.Of('#'))
-		scribble(one, '#')
+		sample.ScribbleList(first, sets.Of('#'))
+		sample.ScribbleList(one, '#')
 		if !slices.Equal(second, want) || string(other) != leasts {
 			t.Errorf("once answers were written over, Sets(%s) is %s, and Leasts %v", shown(of), shownSets(second), other)
 		}
@@ -101,9 +90,9 @@ func TestP1901ClassesAreValues(t *testing.T) {
 		if a != kept || b != other {
 			t.Errorf("what was handed in became %s and %s, and was %s and %s", shown(a), shown(b), shown(kept), shown(other))
 		}
-		scribble(normal[:], 99)
-		scribble(joined[:], 99)
-		scribble(b[:], 99)
+		sample.ScribbleList(normal[:], 99)
+		sample.ScribbleList(joined[:], 99)
+		sample.ScribbleList(b[:], 99)
 		normal, n = Norm(a)
 		again, width2 := modelNorm(kept)
 		holdClasses(t, normal, n, again, width2, "later Norm(%s)", shown(kept))

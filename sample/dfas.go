@@ -65,6 +65,40 @@ func Leading(states, width, names int) api.Dfa {
 	return d
 }
 
+// Rows: a machine with the names that a text has, labels, and rows.
+func Rows(names string, labels []int, l ...[]int) api.Dfa {
+	d := Quiet(len(labels), len(l[0]))
+	d.Names, d.Label, d.Next = strings.Fields(names), labels, l
+	return d
+}
+
+// EachDfa visits all machines of so many states and classes, with one of so many labels, or none, at each state.
+func EachDfa(states, width, labels int, visit func(d api.Dfa)) {
+	codes := 1
+	for range states {
+		codes *= labels + 1
+	}
+	for range states * width {
+		codes *= states
+	}
+	for code := range codes {
+		digit := func(base int) int {
+			n := code % base
+			code /= base
+			return n
+		}
+		d := Quiet(states, width)
+		d.Names = Called(labels)
+		for s, row := range d.Next {
+			d.Label[s] = digit(labels + 1)
+			for class := range row {
+				row[class] = digit(states)
+			}
+		}
+		visit(d)
+	}
+}
+
 // AnyDfa: a machine of so many states that may be: it comes to few states, to many, or to all.
 func AnyDfa(states int, next func(most int) int) api.Dfa {
 	d := api.Dfa{Names: Called([]int{0, 1, 2, 5, api.MaxRules}[next(5)])}

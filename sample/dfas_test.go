@@ -77,6 +77,41 @@ func TestDfasThatMayBe(t *testing.T) {
 	}
 }
 
+func TestRows(t *testing.T) {
+	d := Rows("x yy", []int{2, 0}, []int{0, 1, 1}, []int{1, 0, 1})
+	if !dfa.Right(d) || d.Width != 3 || !slices.Equal(d.Label, []int{2, 0}) || !slices.Equal(d.Names, []string{"x", "yy"}) || dfa.To(d, 1, 100) != 0 || dfa.To(d, 0, 255) != 1 {
+		t.Errorf("Rows are %v", d)
+	}
+	if d := Rows("", []int{0}, []int{0}); !dfa.Same(d, Quiet(1, 1)) {
+		t.Errorf("Rows of one state are %v", d)
+	}
+}
+
+// Each machine is there once, and there are as many as there can be.
+func TestEachDfa(t *testing.T) {
+	for _, r := range []struct{ states, width, labels, want int }{{1, 1, 0, 1}, {1, 2, 2, 3}, {2, 1, 1, 4 * 4}, {2, 2, 2, 9 * 16}, {3, 1, 1, 8 * 27}, {2, 3, 0, 64}} {
+		met := map[string]int{}
+		EachDfa(r.states, r.width, r.labels, func(d api.Dfa) {
+			if !dfa.Right(d) || len(d.Label) != r.states || d.Width != r.width || len(d.Names) != r.labels {
+				t.Errorf("of %v there is %v", r, d)
+			}
+			text := ""
+			for _, number := range dfaNumbers(d) {
+				text += string(rune('0' + *number))
+			}
+			met[text]++
+		})
+		for text, times := range met {
+			if times != 1 {
+				t.Errorf("of %v there is %s %d times", r, text, times)
+			}
+		}
+		if len(met) != r.want {
+			t.Errorf("of %v there are %d", r, len(met))
+		}
+	}
+}
+
 func TestAnyDfa(t *testing.T) {
 	next := Chances()
 	all, live, wide, named, told := 0, 0, 0, 0, 0

@@ -146,6 +146,20 @@ func ScribbleDfa(d api.Dfa) {
 	}
 }
 
+// RoomyList: the same list, with room behind it, and marks in it.
+func RoomyList[T any](l []T, marks ...T) []T { return append(slices.Clone(l), marks...)[:len(l)] }
+
+// StretchedList: a list that goes on to the end of the room behind it.
+func StretchedList[T any](l []T) []T { return l[:cap(l)] }
+
+// ScribbleList writes one thing over all that lies in a list, and behind it.
+func ScribbleList[T any](l []T, with T) {
+	l = StretchedList(l)
+	for i := range l {
+		l[i] = with
+	}
+}
+
 // SharedLists: does a place in lists, or in the room behind them, lie in two of them?
 func SharedLists[T any](l ...[]T) bool {
 	met := map[*T]int{}

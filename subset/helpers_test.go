@@ -29,6 +29,7 @@ var (
 	called, ruled      = sample.Called, sample.Ruled
 
 	read, front = texts.Tree, texts.Front
+	upTo        = sample.UpTo
 )
 
 // brief, single, several and rules are machines in several states and in one, subsets and rules, of which a text is made where one is asked for alone.
@@ -115,15 +116,6 @@ func parted(l []api.Rule) (names []string, bodies []api.Node) {
 		names, bodies = append(names, rule.Name), append(bodies, rule.Body)
 	}
 	return names, bodies
-}
-
-// upTo: the numbers from lo, below hi.
-func upTo(lo, hi int) []int {
-	var l []int
-	for i := lo; i < hi; i++ {
-		l = append(l, i)
-	}
-	return l
 }
 
 // sameSets: are the same numbers in the same lists?

@@ -101,12 +101,12 @@ func TestP2101Memory(t *testing.T) {
 	errors := map[api.Errno]int{}
 	for range 1500 {
 		q := anyQuestion(10, next)
+		r := inRoom(q)
+		kept := given(r)
 		want := asked(q)
 		errors[want.noSets]++
 		errors[want.noMachine]++
 		errors[want.noRules]++
-		r := inRoom(q)
-		kept := given(r)
 		first, second := asked(r), asked(r)
 		hold := func(when string, x answer) {
 			t.Helper()
