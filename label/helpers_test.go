@@ -18,6 +18,7 @@ const most = api.MaxStates
 var (
 	quiet, leading, called, rows           = sample.Quiet, sample.Leading, sample.Called, sample.Rows
 	withNext, withRow, withLabel, withName = sample.WithNext, sample.WithRow, sample.WithLabel, sample.WithName
+	ring                                   = sample.Ring
 
 	front, split = texts.Front, strings.Fields
 	upTo         = sample.UpTo
@@ -32,16 +33,6 @@ type (
 func (d brief) String() string { return texts.BriefDfa(api.Dfa(d)) }
 func (l quoted) String() string {
 	return fmt.Sprintf("%d, ", len(l)) + front(fmt.Sprintf("%q", []string(l[:min(len(l), 70)])))
-}
-
-// ring: a machine of one class that goes round, from state to state, through these labels.
-func ring(names string, labels ...int) api.Dfa {
-	d := quiet(len(labels), 1)
-	for s, row := range d.Next {
-		row[0] = (s + 1) % len(labels)
-	}
-	d.Label, d.Names = labels, split(names)
-	return d
 }
 
 // with: the same machine with other names and labels; all else lies in the same memory.

@@ -174,7 +174,7 @@ func TestP2304Widths(t *testing.T) {
 		// Without one of them those that differ by its bit alone are alike.
 		for bit := range 8 {
 			d := withRow(halves, bit, make([]int, width))
-			numbers := modelNumbers(width, func(x, y int) bool { return x|1<<bit == y|1<<bit })
+			numbers := sample.Grouped(width, func(x, y int) bool { return x|1<<bit == y|1<<bit })
 			places := by(slices.Max(numbers)+1, func(n int) int { return slices.Index(numbers, n) })
 			holdMerge(t, d, pickedRows(d, grouped(d, numbers), places...))
 		}

@@ -26,6 +26,9 @@ var (
 	quiet, leading, called, rows           = sample.Quiet, sample.Leading, sample.Called, sample.Rows
 	withNext, withRow, withLabel, withName = sample.WithNext, sample.WithRow, sample.WithLabel, sample.WithName
 
+	ring, by, rest, partitions = sample.Ring, sample.By, sample.Rest, sample.Partitions
+	anyMachine                 = sample.AnyUnfolded
+
 	front, split = texts.Front, strings.Fields
 	upTo         = sample.UpTo
 )
@@ -46,24 +49,6 @@ func (l many) String() string {
 
 func ints(l ...int) []int { return l }
 
-// by: the numbers that so many states have.
-func by(states int, number func(s int) int) []int {
-	l := make([]int, states)
-	for s := range l {
-		l[s] = number(s)
-	}
-	return l
-}
-
-// rest: blocks of states that have one rest.
-func rest(states, by int) []int {
-	var l []int
-	for s := range states {
-		l = append(l, s%by)
-	}
-	return l
-}
-
 // turns: ways to give normal blocks other numbers: the other way round, below 0, very great, and such as are the same but for a few bits.
 func turns() []func(n int) int {
 	return []func(n int) int{
@@ -82,31 +67,6 @@ func turns() []func(n int) int {
 // turned: the same blocks with other numbers.
 func turned(l []int, turn func(n int) int) []int {
 	return by(len(l), func(s int) int { return turn(l[s]) })
-}
-
-// partitions: all normal blocks of so many states.
-func partitions(states int) [][]int {
-	all := [][]int{nil}
-	for range states {
-		var longer [][]int
-		for _, l := range all {
-			for n := range 1 + slices.Max(append([]int{-1}, l...)) + 1 {
-				longer = append(longer, append(slices.Clone(l), n))
-			}
-		}
-		all = longer
-	}
-	return all
-}
-
-// ring: a machine of one class that goes round, from state to state, through these labels.
-func ring(names string, labels ...int) api.Dfa {
-	d := quiet(len(labels), 1)
-	for s, row := range d.Next {
-		row[0] = (s + 1) % len(labels)
-	}
-	d.Label, d.Names = labels, split(names)
-	return d
 }
 
 // grouped: the classes that come of a machine's, if each has another number.

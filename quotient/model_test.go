@@ -11,31 +11,12 @@ import (
 
 // The model takes the chapter's sentences one by one. Whether a machine may be is asked of package dfa, of which a model was held ahead.
 
-// modelNumbers: numbers from 0 on for so many things: each has that of the first one that is together with it or, where there is none, the next one.
-func modelNumbers(things int, together func(x, y int) bool) []int {
-	var l []int
-	count := 0
-	for y := range things {
-		x := 0
-		for x < y && !together(x, y) {
-			x++
-		}
-		if x < y {
-			l = append(l, l[x])
-			continue
-		}
-		l = append(l, count)
-		count++
-	}
-	return l
-}
-
 func modelNorm(l []int) []int {
-	return modelNumbers(len(l), func(s, t int) bool { return l[s] == l[t] })
+	return sample.Grouped(len(l), func(s, t int) bool { return l[s] == l[t] })
 }
 
 func modelJoin(a, b []int) []int {
-	return modelNumbers(min(len(a), len(b)), func(s, t int) bool { return a[s] == a[t] && b[s] == b[t] })
+	return sample.Grouped(min(len(a), len(b)), func(s, t int) bool { return a[s] == a[t] && b[s] == b[t] })
 }
 
 func modelFiner(a, b []int) bool {
@@ -104,7 +85,7 @@ func modelClasses(d api.Dfa) (classes, int) {
 		return classes{}, 0
 	}
 	var of classes
-	numbers := modelNumbers(256, func(x, y int) bool {
+	numbers := sample.Grouped(256, func(x, y int) bool {
 		for _, row := range d.Next {
 			if row[d.Of[x]] != row[d.Of[y]] {
 				return false
@@ -180,19 +161,6 @@ func holdModelled(t *testing.T, d api.Dfa, lists [][]int, m *met) {
 	merged, _ := modelMerge(d)
 	holdMerge(t, d, merged)
 	count(&m.merged, merged.Width < d.Width)
-}
-
-// anyMachine: a machine, with blocks of it that are Stable: each state alone, or fewer; its classes may be more than it needs.
-func anyMachine(states int, next func(most int) int) (api.Dfa, []int) {
-	d := sample.AnyDfa(1+next(states), next)
-	l := upTo(0, len(d.Label))
-	if next(4) > 0 {
-		d, l = sample.Unfolded(d, len(d.Label)+next(1+states), next)
-	}
-	if next(3) == 0 {
-		d = sample.Spread(d, 1+next(4), next)
-	}
-	return d, l
 }
 
 // anyBlocks: blocks of so many states: as they are; with one state in another one's block, or alone; with two blocks in one; with a number less or more; each state alone, or all in one; or with numbers of few; all that with other numbers.

@@ -72,6 +72,16 @@ func Rows(names string, labels []int, l ...[]int) api.Dfa {
 	return d
 }
 
+// Ring: a machine of one class that goes round, from state to state, through labels, with the names that a text has.
+func Ring(names string, labels ...int) api.Dfa {
+	d := Quiet(len(labels), 1)
+	for s, row := range d.Next {
+		row[0] = (s + 1) % len(labels)
+	}
+	d.Label, d.Names = labels, strings.Fields(names)
+	return d
+}
+
 // EachDfa visits all machines of so many states and classes, with one of so many labels, or none, at each state.
 func EachDfa(states, width, labels int, visit func(d api.Dfa)) {
 	codes := 1

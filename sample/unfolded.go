@@ -51,3 +51,16 @@ func Spread(d api.Dfa, most int, next func(most int) int) api.Dfa {
 	}
 	return made
 }
+
+// AnyUnfolded: a machine of at most twice so many states, and blocks of it in which states are alike: each state alone, or fewer; its classes may be more than it needs.
+func AnyUnfolded(states int, next func(most int) int) (api.Dfa, []int) {
+	d := AnyDfa(1+next(states), next)
+	l := UpTo(0, len(d.Label))
+	if next(4) > 0 {
+		d, l = Unfolded(d, len(d.Label)+next(1+states), next)
+	}
+	if next(3) == 0 {
+		d = Spread(d, 1+next(4), next)
+	}
+	return d, l
+}
