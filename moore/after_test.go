@@ -121,17 +121,6 @@ func TestP2402AfterKthByte(t *testing.T) {
 	}
 }
 
-// shifted: a machine whose states are the words of so many bits: by each of two classes one bit comes, and the first one goes; the first one is told.
-func shifted(bits int) api.Dfa {
-	states := 1 << bits
-	d := quiet(states, 2)
-	for s, row := range d.Next {
-		row[0] = s << 1 % states
-		row[1] = row[0] + 1
-	}
-	return withLabels(d, "x", by(states, func(s int) int { return s >> (bits - 1) }))
-}
-
 // holdShifted: behind so many bytes so many bits, and one more, are known of each state.
 func holdShifted(t *testing.T, bits int) {
 	t.Helper()

@@ -68,22 +68,10 @@ func TestGreatLastOne(t *testing.T) {
 	holdGreat(t, d, 1, two, by(most, func(s int) int { return min(s, 1) + max(s-most+3, 0) }))
 }
 
-// bitwise: as many states as there may be, of which each leads to itself by the bits of its number, and else to 0, which alone has a label: all bits together tell each one apart.
-func bitwise() api.Dfa {
-	d := quiet(most, 16)
-	d.Names = called(1)
-	for s, row := range d.Next {
-		for class := range row {
-			row[class] = s * (s >> class & 1)
-		}
-		d.Label[s] = 1 - min(s, 1)
-	}
-	return d
-}
-
+// All bits together tell each state apart.
 func TestGreatBits(t *testing.T) {
 	t.Parallel()
-	d := bitwise()
+	d := sample.Bitwise(16)
 	holdGreat(t, d, 1, by(most, func(s int) int { return min(s, 1) }), upTo(0, most))
 	// Two that have the label, and lead to nothing else, are alike.
 	d.Label[1] = 1
@@ -96,7 +84,7 @@ func TestGreatNumbers(t *testing.T) {
 	all := upTo(0, most)
 	for bit := range 16 {
 		to := 1<<14 + 5
-		d := withRow(bitwise(), most-3, slices.Repeat(ints(to), 16))
+		d := withRow(sample.Bitwise(16), most-3, slices.Repeat(ints(to), 16))
 		d = withRow(d, most-2, slices.Repeat(ints(to^1<<bit), 16))
 		holdAfter(t, d, 1, by(most, func(s int) int { return min(s, most-3) }))
 		holdLast(t, d, 2, all)

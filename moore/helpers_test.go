@@ -23,7 +23,9 @@ var (
 	quiet, leading, called, rows           = sample.Quiet, sample.Leading, sample.Called, sample.Rows
 	withNext, withRow, withLabel, withName = sample.WithNext, sample.WithRow, sample.WithLabel, sample.WithName
 
-	ring, by, rest, partitions = sample.Ring, sample.By, sample.Rest, sample.Partitions
+	ring, row, shifted     = sample.Ring, sample.Row, sample.Shifted
+	withLabels, renumbered = sample.WithLabels, sample.Renumbered
+	by, rest, partitions   = sample.By, sample.Rest, sample.Partitions
 
 	front, upTo = texts.Front, sample.UpTo
 )
@@ -43,40 +45,8 @@ func ints(l ...int) []int { return l }
 
 func lists(l ...[]int) [][]int { return l }
 
-// row: a machine of one class whose states lead from each one to the next, and the last one to itself, the only one with a label.
-func row(states int) api.Dfa {
-	d := quiet(states, 1)
-	for s, row := range d.Next {
-		row[0] = min(s+1, states-1)
-	}
-	return withLabels(d, "x", by(states, func(s int) int { return s / max(states-1, 1) }))
-}
-
-// withLabels: the same machine with other labels, and names.
-func withLabels(d api.Dfa, name string, labels []int) api.Dfa {
-	d.Names, d.Label = []string{name}, labels
-	return d
-}
-
-// renumbered: the same machine, with each state at another one's place; 0 may be any one of them.
-func renumbered(d api.Dfa, places []int) api.Dfa {
-	x := d
-	x.Next, x.Label = make([][]int, len(places)), make([]int, len(places))
-	for s, place := range places {
-		x.Label[place] = d.Label[s]
-		x.Next[place] = by(d.Width, func(class int) int { return places[d.Next[s][class]] })
-	}
-	return x
-}
-
 // moved: the same blocks, of states that are at other places.
-func moved(l, places []int) []int {
-	x := make([]int, len(l))
-	for s, place := range places {
-		x[place] = l[s]
-	}
-	return quotient.Norm(x)
-}
+func moved(l, places []int) []int { return quotient.Norm(sample.Moved(l, places)) }
 
 // holdBlocks: a call tells just these blocks.
 func holdBlocks(t *testing.T, got, want []int, what string, about ...any) {
